@@ -1,0 +1,97 @@
+package impl
+
+const (
+	MaxText = 65536
+	MaxList = 4096
+	MaxName = 40
+
+	OK        = 0
+	ErrBad    = 1
+	ErrLong   = 2
+	ErrForm   = 3
+	ErrSyntax = 4
+	ErrRange  = 5
+	ErrName   = 6
+	ErrTwice  = 7
+	ErrNone   = 8
+	ErrMany   = 9
+	ErrZero   = 10
+	ErrOver   = 11
+	ErrState  = 12
+	ErrKind   = 13
+	ErrFull   = 14
+	ErrSum    = 15
+	ErrAge    = 16
+	ErrLate   = 17
+	ErrHeld   = 18
+	ErrShort  = 19
+)
+
+// codeWords is the one list that both CodeWord and CodeOf read, so that each word is told back.
+var codeWords [ErrShort + 1]string
+
+func init() {
+	codeWords = [ErrShort + 1]string{
+		OK:        "ok",
+		ErrBad:    "bad",
+		ErrLong:   "long",
+		ErrForm:   "form",
+		ErrSyntax: "syntax",
+		ErrRange:  "range",
+		ErrName:   "name",
+		ErrTwice:  "twice",
+		ErrNone:   "none",
+		ErrMany:   "many",
+		ErrZero:   "zero",
+		ErrOver:   "over",
+		ErrState:  "state",
+		ErrKind:   "kind",
+		ErrFull:   "full",
+		ErrSum:    "sum",
+		ErrAge:    "age",
+		ErrLate:   "late",
+		ErrHeld:   "held",
+		ErrShort:  "short",
+	}
+}
+
+func NameOK(t string) bool {
+	if len(t) < 1 || len(t) > MaxName {
+		return false
+	}
+	// Bytes that are no right encoding come as the rune 0xFFFD, which is no letter.
+	for at, r := range t {
+		if !nameLetter(r) && (at == 0 || !digitRune(r)) {
+			return false
+		}
+	}
+	return true
+}
+
+func nameLetter(r rune) bool {
+	switch {
+	case r == '_', 'a' <= r && r <= 'z', 'A' <= r && r <= 'Z':
+		return true
+	case r == 0xD7, r == 0xF7: // the signs of multiplication and division lie among the letters
+		return false
+	}
+	return 0xC0 <= r && r <= 0x24F || 0x391 <= r && r <= 0x3C9 || 0x410 <= r && r <= 0x44F
+}
+
+func digitRune(r rune) bool { return '0' <= r && r <= '9' }
+
+func CodeWord(code int) string {
+	if code < OK || code > ErrShort {
+		return ""
+	}
+	return codeWords[code]
+}
+
+func CodeOf(word string) int {
+	for code := range codeWords {
+		if codeWords[code] == word {
+			return code
+		}
+	}
+	return -1
+}
