@@ -27,11 +27,9 @@ const (
 	ErrShort  = 19
 )
 
-// codeWords is the one list that both CodeWord and CodeOf read, so that each word is told back.
-var codeWords [ErrShort + 1]string
-
-func init() {
-	codeWords = [ErrShort + 1]string{
+// wordsOfCodes is the one list of the words: CodeWord and, by codeWords, CodeOf read it, so that each word is told back.
+func wordsOfCodes() [ErrShort + 1]string {
+	return [ErrShort + 1]string{
 		OK:        "ok",
 		ErrBad:    "bad",
 		ErrLong:   "long",
@@ -54,6 +52,10 @@ func init() {
 		ErrShort:  "short",
 	}
 }
+
+var codeWords [ErrShort + 1]string
+
+func init() { codeWords = wordsOfCodes() }
 
 func NameOK(t string) bool {
 	if len(t) < 1 || len(t) > MaxName {
@@ -84,7 +86,7 @@ func CodeWord(code int) string {
 	if code < OK || code > ErrShort {
 		return ""
 	}
-	return codeWords[code]
+	return wordsOfCodes()[code]
 }
 
 func CodeOf(word string) int {

@@ -16,7 +16,7 @@ func oddNumbers() []int {
 }
 
 func oddTexts() []string {
-	return []string{"", "-", ".", "0.00", "-0.05", "12.34", "ok", "short", "\x00", "\xff", "\xc3", "käse", "10000000.01", strings.Repeat("9", impl.MaxText), strings.Repeat("9", impl.MaxText+1), strings.Repeat("\xff", 2*impl.MaxText)}
+	return []string{"", "-", ".", "0.00", "-0.05", "12.34", "ok", "short", "\x00", "\xff", "\xc3", "käse", "10000000.01", "96385074", "4006381333931", "2012345006782", strings.Repeat("9", impl.MaxText), strings.Repeat("9", impl.MaxText+1), strings.Repeat("\xff", 2*impl.MaxText)}
 }
 
 func oddLists() [][]int {
@@ -35,6 +35,31 @@ func oddRates() []impl.Rate {
 		}
 	}
 	return rates
+}
+
+func oddScans() []impl.Scan {
+	var scans []impl.Scan
+	for _, kind := range []int{math.MinInt, -1, 0, 1, 2, 3, 4, math.MaxInt} {
+		for _, article := range append(oddTexts(), "12345", "96385074", "2012345006782") {
+			for _, value := range []int{math.MinInt, -1, 0, 1, 99999, 100000, math.MaxInt} {
+				scans = append(scans, impl.Scan{Kind: kind, Article: article, Value: value})
+			}
+		}
+	}
+	return scans
+}
+
+func oddPacks() [][]impl.Pack {
+	lists := [][]impl.Pack{nil, {}, {{Name: "six", Count: 6}, {Name: "tray", Of: "six", Count: 4}}}
+	for _, c := range faultyPacks() {
+		lists = append(lists, c.packs)
+	}
+	for _, text := range oddTexts() {
+		for _, n := range oddNumbers() {
+			lists = append(lists, []impl.Pack{{Name: text, Count: n}}, []impl.Pack{{Name: "a", Count: 1000}, {Name: "b", Of: text, Count: n}})
+		}
+	}
+	return lists
 }
 
 // mustBeZero: a code other than 0 means that all else is zero.
@@ -86,6 +111,28 @@ func TestP1TextsOfAnyBytesAreAnswered(t *testing.T) {
 		impl.CodeOf(text)
 		n, code := impl.ReadMoney(text)
 		mustBeZero(t, "ReadMoney", code, n == 0)
+		digit, code := impl.CheckDigit(text)
+		mustBeZero(t, "CheckDigit", code, digit == 0)
+		scan, code := impl.ReadScan(text)
+		mustBeZero(t, "ReadScan", code, scan == impl.Scan{})
+	}
+}
+
+func TestP1ScansAndPacksOfAnyKindAreAnswered(t *testing.T) {
+	for _, scan := range oddScans() {
+		text, code := impl.MakeScan(scan)
+		mustBeZero(t, "MakeScan", code, text == "")
+	}
+	for _, packs := range oddPacks() {
+		sizes, code, who := impl.PackUnits(packs)
+		mustBeZero(t, "PackUnits", code, len(sizes) == 0)
+		if code == impl.OK && who != "" {
+			t.Errorf("PackUnits(%v) tells %q without a fault", packs, who)
+		}
+		for _, units := range oddNumbers() {
+			counts, left, code := impl.Unpack(packs, units)
+			mustBeZero(t, "Unpack", code, len(counts) == 0 && left == 0)
+		}
 	}
 }
 
@@ -98,6 +145,32 @@ func TestP1NoArgumentIsChanged(t *testing.T) {
 			if !slices.Equal(held, before) {
 				t.Fatalf("Share(%d) changed what it was given", amount)
 			}
+		}
+	}
+}
+
+func TestP1NoPackIsChanged(t *testing.T) {
+	for _, packs := range oddPacks() {
+		held := append(slices.Clone(packs), impl.Pack{Name: "behind", Of: "the", Count: 78}) // what stands behind the end of the argument
+		before := slices.Clone(held)
+		impl.PackUnits(held[:len(packs)])
+		impl.Unpack(held[:len(packs)], 59)
+		if !slices.Equal(held, before) {
+			t.Fatalf("packs that were given are changed: %v", held)
+		}
+	}
+}
+
+func TestP1EachAnswerOfPacksIsNewMemory(t *testing.T) {
+	packs := []impl.Pack{{Name: "six", Count: 6}, {Name: "tray", Of: "six", Count: 4}}
+	for range 2 {
+		sizes, _, _ := impl.PackUnits(packs)
+		counts, _, _ := impl.Unpack(packs, 30)
+		if !slices.Equal(sizes, []int{6, 24}) || !slices.Equal(counts, []int{1, 1}) {
+			t.Fatal("an answer is kept", sizes, counts)
+		}
+		for i := range packs {
+			sizes[i], counts[i] = -1, -1
 		}
 	}
 }
@@ -139,6 +212,15 @@ func answers(backwards bool) []string {
 	for _, text := range oddTexts() {
 		calls = append(calls, func() string { return fmt.Sprint(impl.NameOK(text), impl.CodeOf(text)) })
 		calls = append(calls, func() string { return fmt.Sprint(impl.ReadMoney(text)) })
+		calls = append(calls, func() string { return fmt.Sprint(impl.CheckDigit(text)) })
+		calls = append(calls, func() string { return fmt.Sprint(impl.ReadScan(text)) })
+	}
+	for _, scan := range oddScans() {
+		calls = append(calls, func() string { return fmt.Sprint(impl.MakeScan(scan)) })
+	}
+	for _, packs := range oddPacks() {
+		calls = append(calls, func() string { return fmt.Sprint(impl.PackUnits(packs)) })
+		calls = append(calls, func() string { return fmt.Sprint(impl.Unpack(packs, 59)) })
 	}
 	for _, rate := range oddRates() {
 		calls = append(calls, func() string { return fmt.Sprint(impl.RateOK(rate)) })
@@ -171,6 +253,11 @@ func TestP1AlikeArgumentsHaveAlikeAnswers(t *testing.T) {
 
 func TestP1AnEmptyListAndNilAreTheSame(t *testing.T) {
 	for _, amount := range oddNumbers() {
+		n, leftN, codeN := impl.Unpack(nil, amount)
+		e, leftE, codeE := impl.Unpack([]impl.Pack{}, amount)
+		if len(n) != 0 || len(e) != 0 || leftN != leftE || codeN != codeE {
+			t.Errorf("Unpack of %d: %v, %d, %d of nil; %v, %d, %d of an empty list", amount, n, leftN, codeN, e, leftE, codeE)
+		}
 		a, codeA := impl.Share(amount, nil)
 		b, codeB := impl.Share(amount, []int{})
 		if len(a) != 0 || len(b) != 0 || codeA != codeB {
