@@ -62,6 +62,25 @@ func oddPacks() [][]impl.Pack {
 	return lists
 }
 
+func oddTaxRows() [][]impl.TaxRow {
+	lists := append(append(rightTaxRows(), wrongTaxRows()...), manyTaxRows(impl.MaxList+1), bookRows())
+	for _, n := range oddNumbers() {
+		lists = append(lists, []impl.TaxRow{taxRow(n, "", 0, 10)}, []impl.TaxRow{taxRow(1, "n", n, 10)}, []impl.TaxRow{taxRow(1, "", 0, n)}, []impl.TaxRow{taxRow(1, "n", n, n)})
+	}
+	for _, text := range oddTexts() {
+		lists = append(lists, []impl.TaxRow{taxRow(1, text, 0, 10)})
+	}
+	return lists
+}
+
+func oddTaxLines() [][]impl.TaxLine {
+	lists := [][]impl.TaxLine{nil, {}, {{Class: 2, Gross: 53}, {Class: 1, Gross: 100}, {Class: 2, Gross: 54}}, make([]impl.TaxLine, impl.MaxList), make([]impl.TaxLine, impl.MaxList+1), slices.Repeat([]impl.TaxLine{{Class: 1, Gross: most}}, impl.MaxList)}
+	for _, n := range oddNumbers() {
+		lists = append(lists, []impl.TaxLine{{Class: n, Gross: 1}}, []impl.TaxLine{{Class: 1, Gross: n}, {Class: 1, Gross: n}, {Class: 1, Gross: n}})
+	}
+	return lists
+}
+
 // mustBeZero: a code other than 0 means that all else is zero.
 func mustBeZero(t *testing.T, what string, code int, zero bool) {
 	t.Helper()
@@ -136,6 +155,36 @@ func TestP1ScansAndPacksOfAnyKindAreAnswered(t *testing.T) {
 	}
 }
 
+func TestP1TaxesOfAnyKindAreAnswered(t *testing.T) {
+	for _, rows := range oddTaxRows() {
+		impl.TaxRowsOK(rows)
+		for _, n := range oddNumbers() {
+			r, code := impl.TaxAt(rows, n, "north", 1)
+			mustBeZero(t, "TaxAt", code, r == impl.Rate{})
+			r, code = impl.TaxAt(rows, 1, "", n)
+			mustBeZero(t, "TaxAt", code, r == impl.Rate{})
+		}
+		for _, text := range oddTexts() {
+			r, code := impl.TaxAt(rows, 1, text, 1)
+			mustBeZero(t, "TaxAt", code, r == impl.Rate{})
+			book, code := impl.TaxBook(rows, text, 1, []impl.TaxLine{{Class: 1, Gross: 1}})
+			mustBeZero(t, "TaxBook", code, len(book) == 0)
+		}
+		for _, lines := range oddTaxLines() {
+			book, code := impl.TaxBook(rows, "n", 1, lines)
+			mustBeZero(t, "TaxBook", code, len(book) == 0)
+		}
+	}
+	for _, n := range oddNumbers() {
+		for _, r := range oddRates() {
+			taxed, code := impl.Split(n, r)
+			mustBeZero(t, "Split", code, taxed == impl.Taxed{})
+		}
+		book, code := impl.TaxBook(bookRows(), "north", n, []impl.TaxLine{{Class: 1, Gross: 119}})
+		mustBeZero(t, "TaxBook", code, len(book) == 0)
+	}
+}
+
 func TestP1NoArgumentIsChanged(t *testing.T) {
 	for _, amount := range []int{1000, -10, 0, most, -most, most + 1} {
 		for _, list := range oddLists() {
@@ -158,6 +207,35 @@ func TestP1NoPackIsChanged(t *testing.T) {
 		if !slices.Equal(held, before) {
 			t.Fatalf("packs that were given are changed: %v", held)
 		}
+	}
+}
+
+func TestP1NoTaxRowOrLineIsChanged(t *testing.T) {
+	for _, rows := range oddTaxRows() {
+		for _, lines := range oddTaxLines() {
+			heldRows, heldLines := append(slices.Clone(rows), taxRow(7, "behind", 7, 8)), append(slices.Clone(lines), impl.TaxLine{Class: 7, Gross: 8}) // what stands behind the end of the argument
+			beforeRows, beforeLines := slices.Clone(heldRows), slices.Clone(heldLines)
+			impl.TaxRowsOK(heldRows[:len(rows)])
+			impl.TaxAt(heldRows[:len(rows)], 1, "n", 3)
+			impl.TaxBook(heldRows[:len(rows)], "n", 3, heldLines[:len(lines)])
+			if !slices.Equal(heldRows, beforeRows) || !slices.Equal(heldLines, beforeLines) {
+				t.Fatalf("what was given is changed: %v, %v", heldRows, heldLines)
+			}
+		}
+	}
+}
+
+func TestP1EachTaxBookIsNewMemory(t *testing.T) {
+	rows, lines := bookRows(), []impl.TaxLine{{Class: 1, Gross: 119}, {Class: 2, Gross: 107}}
+	for range 2 {
+		book, code := impl.TaxBook(rows, "", 0, lines)
+		if code != impl.OK || !slices.Equal(book, []impl.TaxSum{{Class: 1, Gross: 119, Net: 100, Tax: 19}, {Class: 2, Gross: 107, Net: 100, Tax: 7}}) {
+			t.Fatal("an answer is kept", book, code)
+		}
+		clear(book)
+	}
+	if !slices.Equal(rows, bookRows()) || lines[0].Gross != 119 || lines[1].Gross != 107 {
+		t.Error("an answer shares memory", rows, lines)
 	}
 }
 
@@ -222,8 +300,19 @@ func answers(backwards bool) []string {
 		calls = append(calls, func() string { return fmt.Sprint(impl.PackUnits(packs)) })
 		calls = append(calls, func() string { return fmt.Sprint(impl.Unpack(packs, 59)) })
 	}
+	for _, rows := range oddTaxRows() {
+		calls = append(calls, func() string { return fmt.Sprint(impl.TaxRowsOK(rows)) })
+		calls = append(calls, func() string { return fmt.Sprint(impl.TaxAt(rows, 1, "n", 3)) })
+		calls = append(calls, func() string {
+			return fmt.Sprint(impl.TaxBook(rows, "n", 3, []impl.TaxLine{{Class: 2, Gross: 53}, {Class: 1, Gross: 100}}))
+		})
+	}
+	for _, lines := range oddTaxLines() {
+		calls = append(calls, func() string { return fmt.Sprint(impl.TaxBook(bookRows(), "north", 10, lines)) })
+	}
 	for _, rate := range oddRates() {
 		calls = append(calls, func() string { return fmt.Sprint(impl.RateOK(rate)) })
+		calls = append(calls, func() string { return fmt.Sprint(impl.Split(-1235, rate)) })
 	}
 	said := make([]string, len(calls))
 	for i := range calls {
@@ -262,6 +351,26 @@ func TestP1AnEmptyListAndNilAreTheSame(t *testing.T) {
 		b, codeB := impl.Share(amount, []int{})
 		if len(a) != 0 || len(b) != 0 || codeA != codeB {
 			t.Errorf("Share(%d): %v, %d of nil; %v, %d of an empty list", amount, a, codeA, b, codeB)
+		}
+	}
+}
+
+func TestP1NoTaxRowsAndNilAreTheSame(t *testing.T) {
+	if !impl.TaxRowsOK(nil) || !impl.TaxRowsOK([]impl.TaxRow{}) {
+		t.Error("no rows are right rows")
+	}
+	for _, lines := range oddTaxLines() {
+		n, codeN := impl.TaxBook(nil, "", 0, lines)
+		e, codeE := impl.TaxBook([]impl.TaxRow{}, "", 0, lines)
+		if len(n) != 0 || len(e) != 0 || codeN != codeE {
+			t.Errorf("TaxBook: %v, %d of nil; %v, %d of an empty list", n, codeN, e, codeE)
+		}
+	}
+	for _, rows := range oddTaxRows() {
+		n, codeN := impl.TaxBook(rows, "", 0, nil)
+		e, codeE := impl.TaxBook(rows, "", 0, []impl.TaxLine{})
+		if len(n) != 0 || len(e) != 0 || codeN != codeE {
+			t.Errorf("TaxBook: %v, %d of nil; %v, %d of no lines", n, codeN, e, codeE)
 		}
 	}
 }
