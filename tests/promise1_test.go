@@ -81,6 +81,22 @@ func oddTaxLines() [][]impl.TaxLine {
 	return lists
 }
 
+func oddPriceRows() [][]impl.PriceRow {
+	lists := append(append(rightPriceRows(), wrongPriceRows()...), manyPriceRows(impl.MaxList+1), labelRows())
+	for _, n := range oddNumbers() {
+		lists = append(lists, []impl.PriceRow{priceRow("milk", "", n, 0, 10, 5)}, []impl.PriceRow{priceRow("milk", "", 1, n, 10, 5)}, []impl.PriceRow{priceRow("milk", "", 1, 0, n, 5)}, []impl.PriceRow{priceRow("milk", "", 1, n, n, n)}, []impl.PriceRow{priceRow("milk", "", 1, 0, 10, n)})
+	}
+	for _, text := range oddTexts() {
+		lists = append(lists, []impl.PriceRow{priceRow(text, "", 1, 0, 10, 5)}, []impl.PriceRow{priceRow("milk", text, 1, 0, 10, 5)})
+	}
+	return lists
+}
+
+// labelRows are right, and have a step at each of the minutes 1, 2, 4, 5 and 9 in north.
+func labelRows() []impl.PriceRow {
+	return []impl.PriceRow{priceRow("milk", "", 1, 1, 9, 120), priceRow("milk", "north", 1, 2, 5, 130), priceRow("milk", "", 2, 4, 5, 99)}
+}
+
 // mustBeZero: a code other than 0 means that all else is zero.
 func mustBeZero(t *testing.T, what string, code int, zero bool) {
 	t.Helper()
@@ -185,6 +201,34 @@ func TestP1TaxesOfAnyKindAreAnswered(t *testing.T) {
 	}
 }
 
+func TestP1PricesOfAnyKindAreAnswered(t *testing.T) {
+	for _, rows := range oddPriceRows() {
+		impl.PricesOK(rows)
+		for _, n := range oddNumbers() {
+			amount, row, code := impl.PriceAt(rows, "milk", "north", n)
+			mustBeZero(t, "PriceAt", code, amount == 0 && row == 0)
+			for _, to := range []int{math.MinInt, n, 10, impl.MaxMinute, impl.MaxMinute + 1, math.MaxInt} {
+				steps, code := impl.PriceSteps(rows, "milk", "", n, to)
+				mustBeZero(t, "PriceSteps", code, len(steps) == 0)
+			}
+		}
+		for _, text := range oddTexts() {
+			amount, row, code := impl.PriceAt(rows, text, "north", 1)
+			mustBeZero(t, "PriceAt", code, amount == 0 && row == 0)
+			amount, row, code = impl.PriceAt(rows, "milk", text, 1)
+			mustBeZero(t, "PriceAt", code, amount == 0 && row == 0)
+			steps, code := impl.PriceSteps(rows, text, text, 0, 10)
+			mustBeZero(t, "PriceSteps", code, len(steps) == 0)
+		}
+	}
+	for _, amount := range oddNumbers() {
+		for _, grams := range append(oddNumbers(), impl.MaxGrams, impl.MaxGrams+1) {
+			n, code := impl.ByWeight(amount, grams)
+			mustBeZero(t, "ByWeight", code, n == 0)
+		}
+	}
+}
+
 func TestP1NoArgumentIsChanged(t *testing.T) {
 	for _, amount := range []int{1000, -10, 0, most, -most, most + 1} {
 		for _, list := range oddLists() {
@@ -222,6 +266,33 @@ func TestP1NoTaxRowOrLineIsChanged(t *testing.T) {
 				t.Fatalf("what was given is changed: %v, %v", heldRows, heldLines)
 			}
 		}
+	}
+}
+
+func TestP1NoPriceRowIsChanged(t *testing.T) {
+	for _, rows := range oddPriceRows() {
+		held := append(slices.Clone(rows), priceRow("behind", "the", 7, 8, 9, 10)) // what stands behind the end of the argument
+		before := slices.Clone(held)
+		impl.PricesOK(held[:len(rows)])
+		impl.PriceAt(held[:len(rows)], "milk", "north", 3)
+		impl.PriceSteps(held[:len(rows)], "milk", "north", 0, 10)
+		if !slices.Equal(held, before) {
+			t.Fatalf("price rows that were given are changed: %v", held)
+		}
+	}
+}
+
+func TestP1EachListOfStepsIsNewMemory(t *testing.T) {
+	rows := labelRows()
+	for range 2 {
+		steps, code := impl.PriceSteps(rows, "milk", "north", 0, 10)
+		if code != impl.OK || !slices.Equal(steps, stepsOf([2]int{0, -1}, [2]int{1, 120}, [2]int{2, 130}, [2]int{4, 99}, [2]int{5, 120}, [2]int{9, -1})) {
+			t.Fatal("an answer is kept", steps, code)
+		}
+		clear(steps)
+	}
+	if !slices.Equal(rows, labelRows()) {
+		t.Error("an answer shares memory", rows)
 	}
 }
 
@@ -310,6 +381,17 @@ func answers(backwards bool) []string {
 	for _, lines := range oddTaxLines() {
 		calls = append(calls, func() string { return fmt.Sprint(impl.TaxBook(bookRows(), "north", 10, lines)) })
 	}
+	for _, rows := range oddPriceRows() {
+		calls = append(calls, func() string { return fmt.Sprint(impl.PricesOK(rows)) })
+		calls = append(calls, func() string { return fmt.Sprint(impl.PriceAt(rows, "milk", "north", 3)) })
+		calls = append(calls, func() string { return fmt.Sprint(impl.PriceSteps(rows, "milk", "north", 0, 10)) })
+	}
+	for _, n := range oddNumbers() {
+		calls = append(calls, func() string { return fmt.Sprint(impl.PriceAt(labelRows(), "milk", "north", n)) })
+		calls = append(calls, func() string { return fmt.Sprint(impl.PriceSteps(labelRows(), "milk", "north", n, 10)) })
+		calls = append(calls, func() string { return fmt.Sprint(impl.ByWeight(n, 500)) })
+		calls = append(calls, func() string { return fmt.Sprint(impl.ByWeight(999, n)) })
+	}
 	for _, rate := range oddRates() {
 		calls = append(calls, func() string { return fmt.Sprint(impl.RateOK(rate)) })
 		calls = append(calls, func() string { return fmt.Sprint(impl.Split(-1235, rate)) })
@@ -371,6 +453,24 @@ func TestP1NoTaxRowsAndNilAreTheSame(t *testing.T) {
 		e, codeE := impl.TaxBook(rows, "", 0, []impl.TaxLine{})
 		if len(n) != 0 || len(e) != 0 || codeN != codeE {
 			t.Errorf("TaxBook: %v, %d of nil; %v, %d of no lines", n, codeN, e, codeE)
+		}
+	}
+}
+
+func TestP1NoPriceRowsAndNilAreTheSame(t *testing.T) {
+	if !impl.PricesOK(nil) || !impl.PricesOK([]impl.PriceRow{}) {
+		t.Error("no rows are right rows")
+	}
+	for _, n := range oddNumbers() {
+		amountN, rowN, codeN := impl.PriceAt(nil, "milk", "", n)
+		amountE, rowE, codeE := impl.PriceAt([]impl.PriceRow{}, "milk", "", n)
+		if amountN != amountE || rowN != rowE || codeN != codeE {
+			t.Errorf("PriceAt at %d: %d, %d, %d of nil; %d, %d, %d of an empty list", n, amountN, rowN, codeN, amountE, rowE, codeE)
+		}
+		nils, codeN := impl.PriceSteps(nil, "milk", "", n, 10)
+		empties, codeE := impl.PriceSteps([]impl.PriceRow{}, "milk", "", n, 10)
+		if !slices.Equal(nils, empties) || codeN != codeE {
+			t.Errorf("PriceSteps from %d: %v, %d of nil; %v, %d of an empty list", n, nils, codeN, empties, codeE)
 		}
 	}
 }
