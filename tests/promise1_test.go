@@ -3,6 +3,7 @@ package tests
 import (
 	"fmt"
 	"math"
+	"reflect"
 	"slices"
 	"strings"
 	"sync"
@@ -88,6 +89,42 @@ func oddPriceRows() [][]impl.PriceRow {
 	}
 	for _, text := range oddTexts() {
 		lists = append(lists, []impl.PriceRow{priceRow(text, "", 1, 0, 10, 5)}, []impl.PriceRow{priceRow("milk", text, 1, 0, 10, 5)})
+	}
+	return lists
+}
+
+func oddUnits() [][]impl.Unit {
+	lists := append(append(rightUnits(), wrongUnits()...), make([]impl.Unit, impl.MaxList+1), mixedBasket())
+	for _, n := range oddNumbers() {
+		lists = append(lists, unitsOf("milk", n), unitsOf("milk", 100, n, n))
+	}
+	for _, text := range oddTexts() {
+		lists = append(lists, unitsOf(text, 100))
+	}
+	return lists
+}
+
+func oddDeals() [][]impl.Deal {
+	lists := append(append(rightDeals(), wrongDeals()...), manyDeals(impl.MaxList+1), mixedDeals())
+	for _, n := range oddNumbers() {
+		lists = append(lists, []impl.Deal{dealOf("a", n, 1, 10, "milk")}, []impl.Deal{dealOf("a", n, n, n, "milk")})
+		for kind := impl.DlPercent; kind <= impl.DlOff; kind++ {
+			lists = append(lists, []impl.Deal{dealOf("a", kind, n, 0, "milk")}, []impl.Deal{dealOf("a", kind, 2, n, "milk")}, []impl.Deal{dealOf("a", kind, 1, n, "milk")})
+		}
+	}
+	for _, text := range oddTexts() {
+		lists = append(lists, []impl.Deal{dealOf(text, impl.DlOff, 1, 1, "milk")}, []impl.Deal{dealOf("a", impl.DlOff, 1, 1, "milk", text)})
+	}
+	return lists
+}
+
+func oddUses() [][]impl.Use {
+	lists := [][]impl.Use{nil, {}, {useOf(2, 1)}, {useOf(0, 0, 2, 3), useOf(2, 1), useOf(3, 5, 6)}, make([]impl.Use, impl.MaxList+1)}
+	for _, uses := range usesThatDoNotFit() {
+		lists = append(lists, uses)
+	}
+	for _, n := range oddNumbers() {
+		lists = append(lists, []impl.Use{useOf(n, 0)}, []impl.Use{useOf(0, n)}, []impl.Use{useOf(0, 0, n, n)}, []impl.Use{saving(useOf(2, 1), n)})
 	}
 	return lists
 }
@@ -229,6 +266,34 @@ func TestP1PricesOfAnyKindAreAnswered(t *testing.T) {
 	}
 }
 
+func noBargain(told impl.Bargain) bool {
+	return told.Total == 0 && told.Saved == 0 && len(told.Uses) == 0
+}
+
+func TestP1DealsOfAnyKindAreAnswered(t *testing.T) {
+	for _, deals := range oddDeals() {
+		impl.DealsOK(deals)
+		for _, units := range [][]impl.Unit{nil, unitsOf("milk", 100), unitsOf("milk", alike(dearest, impl.MaxBasket)...), mixedBasket()} {
+			told, code := impl.Best(units, deals)
+			mustBeZero(t, "Best", code, noBargain(told))
+			for _, uses := range [][]impl.Use{nil, {useOf(0, 0)}, {useOf(0, 0), useOf(1, 1)}, {useOf(0, 0, 1)}} {
+				told, code = impl.Priced(units, deals, uses)
+				mustBeZero(t, "Priced", code, noBargain(told))
+			}
+		}
+	}
+	for _, units := range oddUnits() {
+		for _, deals := range [][]impl.Deal{nil, manyDeals(impl.MaxDeals), mixedDeals()} {
+			told, code := impl.Best(units, deals)
+			mustBeZero(t, "Best", code, noBargain(told))
+			for _, uses := range oddUses() {
+				told, code = impl.Priced(units, deals, uses)
+				mustBeZero(t, "Priced", code, noBargain(told))
+			}
+		}
+	}
+}
+
 func TestP1NoArgumentIsChanged(t *testing.T) {
 	for _, amount := range []int{1000, -10, 0, most, -most, most + 1} {
 		for _, list := range oddLists() {
@@ -279,6 +344,76 @@ func TestP1NoPriceRowIsChanged(t *testing.T) {
 		if !slices.Equal(held, before) {
 			t.Fatalf("price rows that were given are changed: %v", held)
 		}
+	}
+}
+
+// withUnitsBehind hands out uses whose lists of units have a number behind their end.
+func withUnitsBehind(uses []impl.Use) []impl.Use {
+	held := slices.Clone(uses)
+	for i := range held {
+		held[i].Units = append(slices.Clone(held[i].Units), 77)[:len(held[i].Units)]
+	}
+	return held
+}
+
+func unitsBehind(uses []impl.Use) []int {
+	var all []int
+	for _, use := range uses {
+		all = append(all, use.Units[:len(use.Units)+1]...)
+	}
+	return all
+}
+
+func TestP1NoUnitDealOrUseIsChanged(t *testing.T) {
+	for _, uses := range oddUses() {
+		heldUnits, heldDeals, heldUses := append(mixedBasket(), impl.Unit{Article: "behind", Price: 7}), append(mixedDeals(), dealOf("behind", 7, 8, 9, "the")), append(withUnitsBehind(uses), useOf(7, 8, 9))
+		beforeUnits, beforeDeals, beforeUses, beforeNumbers := slices.Clone(heldUnits), append(mixedDeals(), dealOf("behind", 7, 8, 9, "the")), append(withUnitsBehind(uses), useOf(7, 8, 9)), unitsBehind(heldUses[:len(uses)])
+		units, deals := heldUnits[:len(heldUnits)-1], heldDeals[:len(heldDeals)-1]
+		impl.DealsOK(deals)
+		impl.Best(units, deals)
+		impl.Priced(units, deals, heldUses[:len(uses)])
+		if !slices.Equal(heldUnits, beforeUnits) || !reflect.DeepEqual(heldDeals, beforeDeals) || !reflect.DeepEqual(heldUses, beforeUses) || !slices.Equal(unitsBehind(heldUses[:len(uses)]), beforeNumbers) {
+			t.Fatalf("what was given is changed: %v, %v, %v", heldUnits, heldDeals, heldUses)
+		}
+	}
+}
+
+func TestP1EachBargainIsNewMemory(t *testing.T) {
+	units, deals, uses := mixedBasket(), mixedDeals(), []impl.Use{useOf(0, 0, 2, 3), useOf(2, 1), useOf(1, 4, 5)}
+	want, code := impl.Best(units, deals)
+	if code != impl.OK || len(want.Uses) < 2 {
+		t.Fatal("a bargain of several uses is asked for", want, code)
+	}
+	spoil := func(told impl.Bargain) {
+		for i := range told.Uses {
+			room := told.Uses[i].Units[:cap(told.Uses[i].Units)]
+			for at := range room {
+				room[at] = 1000*i + at
+			}
+		}
+		for i := range told.Uses {
+			for at, number := range told.Uses[i].Units {
+				if number != 1000*i+at {
+					t.Error("two lists of one answer share memory", told)
+				}
+			}
+		}
+		clear(told.Uses[:cap(told.Uses)])
+	}
+	for range 2 {
+		best, code := impl.Best(units, deals)
+		if code != impl.OK || best.Total != want.Total || len(best.Uses) != len(want.Uses) {
+			t.Error("an answer is kept", best, code)
+		}
+		priced, code := impl.Priced(units, deals, uses)
+		if code != impl.OK || !sameBargain(priced, impl.Bargain{Total: 635, Saved: 375, Uses: []impl.Use{saving(useOf(0, 0, 2, 3), 100), saving(useOf(2, 1), 125), saving(useOf(1, 4, 5), 150)}}) {
+			t.Error("an answer is kept", priced, code)
+		}
+		spoil(best)
+		spoil(priced)
+	}
+	if !slices.Equal(units, mixedBasket()) || !reflect.DeepEqual(deals, mixedDeals()) || !reflect.DeepEqual(uses, []impl.Use{useOf(0, 0, 2, 3), useOf(2, 1), useOf(1, 4, 5)}) {
+		t.Error("an answer shares memory", units, deals, uses)
 	}
 }
 
@@ -392,6 +527,17 @@ func answers(backwards bool) []string {
 		calls = append(calls, func() string { return fmt.Sprint(impl.ByWeight(n, 500)) })
 		calls = append(calls, func() string { return fmt.Sprint(impl.ByWeight(999, n)) })
 	}
+	for _, units := range oddUnits() {
+		calls = append(calls, func() string { return fmt.Sprint(impl.Best(units, mixedDeals())) })
+	}
+	for _, deals := range oddDeals() {
+		calls = append(calls, func() string { return fmt.Sprint(impl.DealsOK(deals)) })
+		calls = append(calls, func() string { return fmt.Sprint(impl.Best(mixedBasket(), deals)) })
+		calls = append(calls, func() string { return fmt.Sprint(impl.Priced(mixedBasket(), deals, []impl.Use{useOf(0, 0)})) })
+	}
+	for _, uses := range [][]impl.Use{nil, {useOf(2, 1)}, {useOf(2, 1), useOf(2, 4)}, {useOf(3, 5, 6), useOf(0, 0, 2, 3), useOf(2, 1)}} {
+		calls = append(calls, func() string { return fmt.Sprint(impl.Priced(mixedBasket(), mixedDeals(), uses)) })
+	}
 	for _, rate := range oddRates() {
 		calls = append(calls, func() string { return fmt.Sprint(impl.RateOK(rate)) })
 		calls = append(calls, func() string { return fmt.Sprint(impl.Split(-1235, rate)) })
@@ -472,5 +618,33 @@ func TestP1NoPriceRowsAndNilAreTheSame(t *testing.T) {
 		if !slices.Equal(nils, empties) || codeN != codeE {
 			t.Errorf("PriceSteps from %d: %v, %d of nil; %v, %d of an empty list", n, nils, codeN, empties, codeE)
 		}
+	}
+}
+
+func TestP1NoDealsUnitsOrUsesAndNilAreTheSame(t *testing.T) {
+	if !impl.DealsOK(nil) || !impl.DealsOK([]impl.Deal{}) {
+		t.Error("no deals are right deals")
+	}
+	for _, deals := range oddDeals() {
+		n, codeN := impl.Best(nil, deals)
+		e, codeE := impl.Best([]impl.Unit{}, deals)
+		if !sameBargain(n, e) || codeN != codeE {
+			t.Errorf("Best: %v, %d of nil; %v, %d of no units", n, codeN, e, codeE)
+		}
+		n, codeN = impl.Priced(mixedBasket(), deals, nil)
+		e, codeE = impl.Priced(mixedBasket(), deals, []impl.Use{})
+		if !sameBargain(n, e) || codeN != codeE {
+			t.Errorf("Priced: %v, %d of nil; %v, %d of no uses", n, codeN, e, codeE)
+		}
+	}
+	for _, units := range oddUnits() {
+		n, codeN := impl.Best(units, nil)
+		e, codeE := impl.Best(units, []impl.Deal{})
+		if !sameBargain(n, e) || codeN != codeE {
+			t.Errorf("Best: %v, %d of nil; %v, %d of no deals", n, codeN, e, codeE)
+		}
+	}
+	if _, code := impl.Priced(mixedBasket(), mixedDeals(), []impl.Use{{Deal: 2, Units: []int{}}}); code != impl.ErrForm {
+		t.Error("Priced of a use with an empty list", code)
 	}
 }
