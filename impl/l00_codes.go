@@ -1,5 +1,7 @@
 package impl
 
+import "strings"
+
 const (
 	MaxText = 65536
 	MaxList = 4096
@@ -26,6 +28,8 @@ const (
 	ErrHeld   = 18
 	ErrShort  = 19
 )
+
+const maxDigits = 18 // of a number's text
 
 // wordsOfCodes is the one list of the words: CodeWord and, by codeWords, CodeOf read it, so that each word is told back.
 func wordsOfCodes() [ErrShort + 1]string {
@@ -96,4 +100,37 @@ func CodeOf(word string) int {
 		}
 	}
 	return -1
+}
+
+func readNumber(t string) (int, bool) {
+	digits, below := strings.CutPrefix(t, "-")
+	if !wholeText(digits, maxDigits) || below && digits == "0" {
+		return 0, false
+	}
+	return signed(digitsNumber(digits), below), true
+}
+
+// wholeText: at most longest digits, no nought ahead of another.
+func wholeText(t string, longest int) bool {
+	if len(t) < 1 || len(t) > longest || len(t) > 1 && t[0] == '0' {
+		return false
+	}
+	return allDigits(t)
+}
+
+func allDigits(t string) bool {
+	for _, r := range t {
+		if !digitRune(r) {
+			return false
+		}
+	}
+	return true
+}
+
+func digitsNumber(digits string) int {
+	n := 0
+	for _, r := range digits {
+		n = 10*n + int(r-'0')
+	}
+	return n
 }

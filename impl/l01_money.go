@@ -198,7 +198,7 @@ func ReadMoney(t string) (int, int) {
 	}
 	text, below := strings.CutPrefix(t, "-")
 	whole, cents, pointed := strings.Cut(text, ".")
-	if !pointed || !wholeText(whole) || len(cents) != 2 || !allDigits(cents) {
+	if !pointed || !wholeText(whole, maxWhole) || len(cents) != 2 || !allDigits(cents) {
 		return 0, ErrSyntax
 	}
 	size := 100*digitsNumber(whole) + digitsNumber(cents)
@@ -206,28 +206,4 @@ func ReadMoney(t string) (int, int) {
 		return 0, ErrSyntax
 	}
 	return asAmount(signed(size, below))
-}
-
-func wholeText(t string) bool {
-	if len(t) < 1 || len(t) > maxWhole || len(t) > 1 && t[0] == '0' {
-		return false
-	}
-	return allDigits(t)
-}
-
-func allDigits(t string) bool {
-	for _, r := range t {
-		if !digitRune(r) {
-			return false
-		}
-	}
-	return true
-}
-
-func digitsNumber(digits string) int {
-	n := 0
-	for _, r := range digits {
-		n = 10*n + int(r-'0')
-	}
-	return n
 }

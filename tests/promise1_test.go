@@ -129,6 +129,48 @@ func oddUses() [][]impl.Use {
 	return lists
 }
 
+func oddRules() [][]impl.Clause {
+	lists := append(append(rightRules(), wrongRules()...), manyRules(impl.MaxList+1), mixedRules())
+	for _, n := range oddNumbers() {
+		lists = append(lists, []impl.Clause{ruleOf("a", n, 0)}, []impl.Clause{ruleOf("a", impl.AcOff, n)}, []impl.Clause{deny("a", term(n, impl.OpIs, 1))}, []impl.Clause{deny("a", term(impl.FdAge, n, 1))}, []impl.Clause{deny("a", term(impl.FdAge, impl.OpMost, n), term(impl.FdAge, impl.OpLeast, n))}, []impl.Clause{ruleOf("a", n, n, term(n, n, n))})
+	}
+	for _, text := range oddTexts() {
+		lists = append(lists, []impl.Clause{deny(text)})
+	}
+	return lists
+}
+
+func oddFacts() []impl.Facts {
+	facts := []impl.Facts{{}, someFacts(), {Qty: 1, Day: 1}, {Qty: 999, Amount: 1000000, Hour: 23, Day: 7, Age: 120}}
+	for _, n := range oddNumbers() {
+		facts = append(facts, impl.Facts{Qty: n, Amount: n, Hour: n, Day: n, Age: n}, impl.Facts{Qty: 1, Amount: n, Day: 1})
+	}
+	return facts
+}
+
+func oddRuleTexts() []string {
+	texts := append(append(oddTexts(), linesThatAreNone()...), "rule a then deny", mixedRulesText(), strings.Repeat("\n", impl.MaxText), strings.Repeat("rule a then deny\n", 3000), ruleLines(impl.MaxClauses+1), lineOf("a", 5000))
+	for _, fault := range faultLines() {
+		texts = append(texts, "rule a then deny\n"+fault.line)
+	}
+	return texts
+}
+
+// mixedRules are right; the third never fires, and the last is covered.
+func mixedRules() []impl.Clause {
+	return []impl.Clause{
+		deny("kids", term(impl.FdAge, impl.OpMost, 17), term(impl.FdHour, impl.OpLeast, 22)),
+		ruleOf("many", impl.AcPercent, 15, term(impl.FdQty, impl.OpLeast, 10)),
+		ruleOf("never", impl.AcOff, 5, term(impl.FdDay, impl.OpIs, 3), term(impl.FdQty, impl.OpMost, 2), term(impl.FdDay, impl.OpIs, 4), term(impl.FdAge, impl.OpLeast, 5)),
+		ruleOf("all", impl.AcOff, 0),
+		deny("covered", term(impl.FdQty, impl.OpLeast, 11)),
+	}
+}
+
+func mixedRulesText() string {
+	return "rule kids when age <= 17 and hour >= 22 then deny\nrule many when qty >= 10 then percent 15\nrule never when day = 3 and qty <= 2 and day = 4 and age >= 5 then off 5\nrule all then off 0\nrule covered when qty >= 11 then deny\n"
+}
+
 // labelRows are right, and have a step at each of the minutes 1, 2, 4, 5 and 9 in north.
 func labelRows() []impl.PriceRow {
 	return []impl.PriceRow{priceRow("milk", "", 1, 1, 9, 120), priceRow("milk", "north", 1, 2, 5, 130), priceRow("milk", "", 2, 4, 5, 99)}
@@ -294,6 +336,38 @@ func TestP1DealsOfAnyKindAreAnswered(t *testing.T) {
 	}
 }
 
+func TestP1RulesOfAnyKindAreAnswered(t *testing.T) {
+	for _, rules := range oddRules() {
+		impl.ClausesOK(rules)
+		text, code := impl.RulesText(rules)
+		mustBeZero(t, "RulesText", code, text == "")
+		hidden, code := impl.Hidden(rules)
+		mustBeZero(t, "Hidden", code, len(hidden) == 0)
+		for _, f := range oddFacts() {
+			number, code := impl.Decide(rules, f)
+			mustBeZero(t, "Decide", code, number == 0)
+		}
+		for _, rule := range rules[:min(len(rules), impl.MaxClauses)] {
+			f, code, core := impl.Witness(rule)
+			mustBeZero(t, "Witness", code, f == impl.Facts{} && (len(core) == 0 || code == impl.ErrNone))
+			for _, other := range append(mixedRules(), rule) {
+				f, clash, code := impl.Clash(rule, other)
+				mustBeZero(t, "Clash", code, f == impl.Facts{} && !clash)
+				if !clash && f != (impl.Facts{}) {
+					t.Errorf("Clash(%v, %v): no clash, and facts", rule, other)
+				}
+			}
+		}
+	}
+	for _, text := range oddRuleTexts() {
+		rules, code, line := impl.ReadRules(text)
+		mustBeZero(t, "ReadRules", code, len(rules) == 0)
+		if (line == 0) != (code == impl.OK || code == impl.ErrLong) || line < 0 {
+			t.Errorf("ReadRules(%.100q): %d, line %d", text, code, line)
+		}
+	}
+}
+
 func TestP1NoArgumentIsChanged(t *testing.T) {
 	for _, amount := range []int{1000, -10, 0, most, -most, most + 1} {
 		for _, list := range oddLists() {
@@ -376,6 +450,86 @@ func TestP1NoUnitDealOrUseIsChanged(t *testing.T) {
 			t.Fatalf("what was given is changed: %v, %v, %v", heldUnits, heldDeals, heldUses)
 		}
 	}
+}
+
+// withTermsBehind hands out rules whose lists of terms have a term behind their end.
+func withTermsBehind(rules []impl.Clause) []impl.Clause {
+	held := slices.Clone(rules)
+	for i := range held {
+		held[i].Terms = append(slices.Clone(held[i].Terms), term(7, 8, 9))[:len(held[i].Terms)]
+	}
+	return held
+}
+
+func termsBehind(rules []impl.Clause) []impl.Term {
+	var all []impl.Term
+	for _, rule := range rules {
+		all = append(all, rule.Terms[:len(rule.Terms)+1]...)
+	}
+	return all
+}
+
+func TestP1NoRuleIsChanged(t *testing.T) {
+	for _, rules := range oddRules() {
+		held := withTermsBehind(append(slices.Clone(rules), ruleOf("behind", 7, 8)))
+		before, terms := slices.Clone(held), termsBehind(held)
+		given := held[:len(rules)]
+		impl.ClausesOK(given)
+		impl.RulesText(given)
+		impl.Decide(given, someFacts())
+		impl.Hidden(given)
+		for at := range given[:min(len(given), impl.MaxClauses)] {
+			impl.Witness(given[at])
+			impl.Clash(given[at], given[0])
+			impl.Clash(given[at], held[len(rules)])
+		}
+		if !sameRules(held, before) || !slices.Equal(termsBehind(held), terms) {
+			t.Fatalf("rules that were given are changed: %.300v", held)
+		}
+	}
+}
+
+func TestP1EachAnswerOfRulesIsNewMemory(t *testing.T) {
+	given := mixedRules()
+	for range 2 {
+		rules, code, line := impl.ReadRules(mixedRulesText())
+		if code != impl.OK || line != 0 || !sameRules(rules, mixedRules()) {
+			t.Fatal("an answer is kept", rules, code, line)
+		}
+		_, code, core := impl.Witness(given[2])
+		if code != impl.ErrNone || !slices.Equal(core, []int{0, 2}) {
+			t.Fatal("an answer is kept", core, code)
+		}
+		hidden, code := impl.Hidden(given)
+		if code != impl.OK || !slices.Equal(hidden, []int{2, 4}) {
+			t.Fatal("an answer is kept", hidden, code)
+		}
+		spoilRules(t, rules)
+		clear(core[:cap(core)])
+		clear(hidden[:cap(hidden)])
+	}
+	if !sameRules(given, mixedRules()) {
+		t.Error("an answer shares memory", given)
+	}
+}
+
+// spoilRules writes into all that lists of terms have room for, and looks whether one wrote into another.
+func spoilRules(t *testing.T, rules []impl.Clause) {
+	t.Helper()
+	for i := range rules {
+		room := rules[i].Terms[:cap(rules[i].Terms)]
+		for at := range room {
+			room[at] = term(i, at, -1)
+		}
+	}
+	for i := range rules {
+		for at, x := range rules[i].Terms {
+			if x != term(i, at, -1) {
+				t.Error("two lists of one answer share memory", rules)
+			}
+		}
+	}
+	clear(rules[:cap(rules)])
 }
 
 func TestP1EachBargainIsNewMemory(t *testing.T) {
@@ -538,6 +692,22 @@ func answers(backwards bool) []string {
 	for _, uses := range [][]impl.Use{nil, {useOf(2, 1)}, {useOf(2, 1), useOf(2, 4)}, {useOf(3, 5, 6), useOf(0, 0, 2, 3), useOf(2, 1)}} {
 		calls = append(calls, func() string { return fmt.Sprint(impl.Priced(mixedBasket(), mixedDeals(), uses)) })
 	}
+	for _, rules := range oddRules() {
+		calls = append(calls, func() string { return fmt.Sprint(impl.ClausesOK(rules)) })
+		calls = append(calls, func() string { return fmt.Sprint(impl.RulesText(rules)) })
+		calls = append(calls, func() string { return fmt.Sprint(impl.Decide(rules, someFacts())) })
+		calls = append(calls, func() string { return fmt.Sprint(impl.Hidden(rules)) })
+		for _, rule := range rules[:min(len(rules), 2)] {
+			calls = append(calls, func() string { return fmt.Sprint(impl.Witness(rule)) })
+			calls = append(calls, func() string { return fmt.Sprint(impl.Clash(rule, mixedRules()[1])) })
+		}
+	}
+	for _, f := range oddFacts() {
+		calls = append(calls, func() string { return fmt.Sprint(impl.Decide(mixedRules(), f)) })
+	}
+	for _, text := range oddRuleTexts() {
+		calls = append(calls, func() string { return fmt.Sprint(impl.ReadRules(text)) })
+	}
 	for _, rate := range oddRates() {
 		calls = append(calls, func() string { return fmt.Sprint(impl.RateOK(rate)) })
 		calls = append(calls, func() string { return fmt.Sprint(impl.Split(-1235, rate)) })
@@ -646,5 +816,36 @@ func TestP1NoDealsUnitsOrUsesAndNilAreTheSame(t *testing.T) {
 	}
 	if _, code := impl.Priced(mixedBasket(), mixedDeals(), []impl.Use{{Deal: 2, Units: []int{}}}); code != impl.ErrForm {
 		t.Error("Priced of a use with an empty list", code)
+	}
+}
+
+func TestP1NoRulesOrTermsAndNilAreTheSame(t *testing.T) {
+	if !impl.ClausesOK(nil) || !impl.ClausesOK([]impl.Clause{}) {
+		t.Error("no rules are right rules")
+	}
+	for _, f := range oddFacts() {
+		n, codeN := impl.Decide(nil, f)
+		e, codeE := impl.Decide([]impl.Clause{}, f)
+		if n != e || codeN != codeE {
+			t.Errorf("Decide: %d, %d of nil; %d, %d of no rules", n, codeN, e, codeE)
+		}
+	}
+	none, empty := impl.Clause{Name: "a", Act: impl.AcDeny}, impl.Clause{Name: "a", Terms: []impl.Term{}, Act: impl.AcDeny}
+	textN, codeN := impl.RulesText([]impl.Clause{none})
+	textE, codeE := impl.RulesText([]impl.Clause{empty})
+	if textN != textE || codeN != codeE {
+		t.Errorf("RulesText: %q, %d of nil; %q, %d of no terms", textN, codeN, textE, codeE)
+	}
+	factsN, codeN, _ := impl.Witness(none)
+	factsE, codeE, _ := impl.Witness(empty)
+	if factsN != factsE || codeN != codeE {
+		t.Errorf("Witness: %v, %d of nil; %v, %d of no terms", factsN, codeN, factsE, codeE)
+	}
+	for _, other := range mixedRules() {
+		factsN, isN, codeN := impl.Clash(none, other)
+		factsE, isE, codeE := impl.Clash(empty, other)
+		if factsN != factsE || isN != isE || codeN != codeE {
+			t.Errorf("Clash with %v: %v, %v, %d of nil; %v, %v, %d of no terms", other, factsN, isN, codeN, factsE, isE, codeE)
+		}
 	}
 }
