@@ -171,6 +171,21 @@ func mixedRulesText() string {
 	return "rule kids when age <= 17 and hour >= 22 then deny\nrule many when qty >= 10 then percent 15\nrule never when day = 3 and qty <= 2 and day = 4 and age >= 5 then off 5\nrule all then off 0\nrule covered when qty >= 11 then deny\n"
 }
 
+// mixedActs have each kind of act and of code; the spend of act 3 comes back, some of it behind its time.
+func mixedActs() []impl.PointAct {
+	return append([]impl.PointAct{earn(50, 20), earn(30, 10), {Kind: 9}, spend(40), spend(50), dayOn(11), back(3), back(3), dayOn(3), spend(15)}, manyEarns(impl.MaxLots)...)
+}
+
+func oddActs() [][]impl.PointAct {
+	lists := [][]impl.PointAct{nil, {}, make([]impl.PointAct, 1), mixedActs(), manyEarns(impl.MaxLots + 1), manyEarns(impl.MaxActs + 1), make([]impl.PointAct, impl.MaxList), make([]impl.PointAct, impl.MaxList+1), fullBehindASpend(impl.MaxLots)}
+	for _, n := range append(oddNumbers(), impl.MaxDay, impl.MaxDay+1) {
+		for _, act := range []impl.PointAct{{Kind: n, Num: 1, Until: 1}, earn(n, 5), earn(5, n), earn(n, n), spend(n), dayOn(n), back(n), {Kind: n, Num: n, Until: n}} {
+			lists = append(lists, []impl.PointAct{earn(5, 5), spend(2), act, spend(1), back(1), act})
+		}
+	}
+	return lists
+}
+
 // labelRows are right, and have a step at each of the minutes 1, 2, 4, 5 and 9 in north.
 func labelRows() []impl.PriceRow {
 	return []impl.PriceRow{priceRow("milk", "", 1, 1, 9, 120), priceRow("milk", "north", 1, 2, 5, 130), priceRow("milk", "", 2, 4, 5, 99)}
@@ -368,6 +383,21 @@ func TestP1RulesOfAnyKindAreAnswered(t *testing.T) {
 	}
 }
 
+func TestP1ActsOfPointsOfAnyKindAreAnswered(t *testing.T) {
+	for _, acts := range oddActs() {
+		told, account, code := impl.PointsRun(acts)
+		mustBeZero(t, "PointsRun", code, len(told) == 0 && sameAccount(account, impl.Account{}))
+		if code == impl.OK && len(told) != len(acts) {
+			t.Errorf("PointsRun tells %d of %d acts", len(told), len(acts))
+		}
+		for _, o := range told {
+			if impl.CodeWord(o.Code) == "" {
+				t.Errorf("PointsRun: %d is no code", o.Code)
+			}
+		}
+	}
+}
+
 func TestP1NoArgumentIsChanged(t *testing.T) {
 	for _, amount := range []int{1000, -10, 0, most, -most, most + 1} {
 		for _, list := range oddLists() {
@@ -486,6 +516,33 @@ func TestP1NoRuleIsChanged(t *testing.T) {
 		if !sameRules(held, before) || !slices.Equal(termsBehind(held), terms) {
 			t.Fatalf("rules that were given are changed: %.300v", held)
 		}
+	}
+}
+
+func TestP1NoActOfPointsIsChanged(t *testing.T) {
+	for _, acts := range oddActs() {
+		held := append(slices.Clone(acts), earn(7, 8))
+		before := slices.Clone(held)
+		impl.PointsRun(held[:len(acts)])
+		if !slices.Equal(held, before) {
+			t.Fatalf("acts that were given are changed: %.300v", held)
+		}
+	}
+}
+
+func TestP1EachAnswerOfPointsIsNewMemory(t *testing.T) {
+	given := mixedActs()
+	wantTold, wantAccount := runByWords(given)
+	for range 2 {
+		told, account, code := impl.PointsRun(given)
+		if code != impl.OK || !slices.Equal(told, wantTold) || !sameAccount(account, wantAccount) {
+			t.Fatal("an answer is kept", told, account, code)
+		}
+		clear(told[:cap(told)])
+		clear(account.Lots[:cap(account.Lots)])
+	}
+	if !slices.Equal(given, mixedActs()) {
+		t.Error("an answer shares memory", given)
 	}
 }
 
@@ -708,6 +765,9 @@ func answers(backwards bool) []string {
 	for _, text := range oddRuleTexts() {
 		calls = append(calls, func() string { return fmt.Sprint(impl.ReadRules(text)) })
 	}
+	for _, acts := range oddActs() {
+		calls = append(calls, func() string { return fmt.Sprint(impl.PointsRun(acts)) })
+	}
 	for _, rate := range oddRates() {
 		calls = append(calls, func() string { return fmt.Sprint(impl.RateOK(rate)) })
 		calls = append(calls, func() string { return fmt.Sprint(impl.Split(-1235, rate)) })
@@ -847,5 +907,13 @@ func TestP1NoRulesOrTermsAndNilAreTheSame(t *testing.T) {
 		if factsN != factsE || isN != isE || codeN != codeE {
 			t.Errorf("Clash with %v: %v, %v, %d of nil; %v, %v, %d of no terms", other, factsN, isN, codeN, factsE, isE, codeE)
 		}
+	}
+}
+
+func TestP1NoActsOfPointsAndNilAreTheSame(t *testing.T) {
+	toldN, accountN, codeN := impl.PointsRun(nil)
+	toldE, accountE, codeE := impl.PointsRun([]impl.PointAct{})
+	if len(toldN) != 0 || len(toldE) != 0 || !sameAccount(accountN, accountE) || codeN != codeE {
+		t.Errorf("PointsRun: %v, %v, %d of nil; %v, %v, %d of no acts", toldN, accountN, codeN, toldE, accountE, codeE)
 	}
 }
