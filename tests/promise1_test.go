@@ -186,6 +186,41 @@ func oddActs() [][]impl.PointAct {
 	return lists
 }
 
+// mixedTillActs have each kind of act; behind them there are a basket, two that are kept, and sales.
+func mixedTillActs() []impl.TillAct {
+	return []impl.TillAct{
+		ageShown(18), units(wine, 1), units(milk, 2), suspended(), grams(ham, 500), units(match, 3), priced(ham, 70), voided(1), suspended(), {Kind: 9}, units(wine, 1), paid(5),
+		units(milk, 1), paid(300), resumed(0), units(match, 1), suspended(), units(gold, 1), resumed(1), paid(impl.MaxMoney), resumed(1), voided(0), units(milk, 3), units(crate, 1), suspended(), ageShown(16), grams(snuff, 9), units(gift, 1),
+	}
+}
+
+func oddTillActs() [][]impl.TillAct {
+	lists := [][]impl.TillAct{nil, {}, make([]impl.TillAct, 1), mixedTillActs(), nearlyAll(), make([]impl.TillAct, impl.MaxActs), make([]impl.TillAct, impl.MaxActs+1), make([]impl.TillAct, impl.MaxList), make([]impl.TillAct, impl.MaxList+1)}
+	for _, n := range append(oddNumbers(), 99, 120, 121, 275) {
+		for _, act := range []impl.TillAct{{Kind: n, Text: "4006381333931", Num: 1}, units(milk, n), scanned(gramsCode("12345", 50), n), scanned(pricedCode("12345", 50), n), voided(n), ageShown(n), {Kind: impl.TaSuspend, Num: n}, resumed(n), paid(n), {Kind: n, Num: n}} {
+			lists = append(lists, []impl.TillAct{act, units(milk, 1), act, suspended(), act, units(gold, 1), units(milk, 1), act, act})
+		}
+	}
+	for _, text := range oddTexts() {
+		lists = append(lists, []impl.TillAct{scanned(text, 1), units(milk, 1), scanned(text, 1), {Kind: impl.TaVoid, Text: text}})
+	}
+	return lists
+}
+
+func oddItems() [][]impl.Item {
+	lists := append(rightItems(), wrongItems()...)
+	for _, n := range oddNumbers() {
+		for _, item := range []impl.Item{{Price: n, Class: 1}, {Deposit: n, Class: 1}, {Class: n}, {Class: 1, Age: n}, {Price: n, Deposit: n, Class: n, Age: n}} {
+			item.Code = "4006381333931"
+			lists = append(lists, []impl.Item{item})
+		}
+	}
+	for _, text := range oddTexts() {
+		lists = append(lists, []impl.Item{itemOf(text)}, []impl.Item{itemOf("12345"), itemOf(text)})
+	}
+	return lists
+}
+
 // labelRows are right, and have a step at each of the minutes 1, 2, 4, 5 and 9 in north.
 func labelRows() []impl.PriceRow {
 	return []impl.PriceRow{priceRow("milk", "", 1, 1, 9, 120), priceRow("milk", "north", 1, 2, 5, 130), priceRow("milk", "", 2, 4, 5, 99)}
@@ -398,6 +433,27 @@ func TestP1ActsOfPointsOfAnyKindAreAnswered(t *testing.T) {
 	}
 }
 
+func TestP1TillsOfAnyKindAreAnswered(t *testing.T) {
+	run := func(items []impl.Item, acts []impl.TillAct) {
+		told, till, code := impl.TillRun(items, acts)
+		mustBeZero(t, "TillRun", code, len(told) == 0 && sameTill(till, impl.Till{}))
+		if code == impl.OK && (len(told) != len(acts) || len(till.Classes) != impl.MaxClass) {
+			t.Errorf("TillRun tells %d of %d acts, and the classes %v", len(told), len(acts), till.Classes)
+		}
+		for _, o := range told {
+			mustBeZero(t, "an act at the till", o.Code, o.Num == 0)
+		}
+	}
+	for _, acts := range oddTillActs() {
+		run(shopItems(), acts)
+		run(nil, acts)
+	}
+	for _, items := range oddItems() {
+		impl.ItemsOK(items)
+		run(items, mixedTillActs())
+	}
+}
+
 func TestP1NoArgumentIsChanged(t *testing.T) {
 	for _, amount := range []int{1000, -10, 0, most, -most, most + 1} {
 		for _, list := range oddLists() {
@@ -527,6 +583,79 @@ func TestP1NoActOfPointsIsChanged(t *testing.T) {
 		if !slices.Equal(held, before) {
 			t.Fatalf("acts that were given are changed: %.300v", held)
 		}
+	}
+}
+
+func TestP1NoItemOrActOfATillIsChanged(t *testing.T) {
+	for _, acts := range oddTillActs() {
+		held, items := append(slices.Clone(acts), paid(7)), append(shopItems(), itemOf("77777"))
+		before, itemsBefore := slices.Clone(held), slices.Clone(items)
+		impl.TillRun(items[:len(items)-1], held[:len(acts)])
+		if !slices.Equal(held, before) || !slices.Equal(items, itemsBefore) {
+			t.Fatalf("acts or items that were given are changed: %.300v, %v", held, items)
+		}
+	}
+	for _, items := range oddItems() {
+		held := append(slices.Clone(items), itemOf("77777"))
+		before := slices.Clone(held)
+		impl.ItemsOK(held[:len(items)])
+		impl.TillRun(held[:len(items)], mixedTillActs())
+		if !slices.Equal(held, before) {
+			t.Fatalf("items that were given are changed: %.300v", held)
+		}
+	}
+}
+
+// spoilTill writes over each list of a till, behind its end too; none of the others may change.
+func spoilTill(t *testing.T, till impl.Till) {
+	t.Helper()
+	lists := []*[]impl.Line{&till.Now.Lines}
+	for i := range till.Kept {
+		lists = append(lists, &till.Kept[i].Lines)
+	}
+	for number, list := range lists {
+		*list = (*list)[:cap(*list)]
+		for i := range *list {
+			(*list)[i] = impl.Line{Item: -1 - number}
+		}
+	}
+	for number, list := range lists {
+		for _, line := range *list {
+			if line.Item != -1-number {
+				t.Error("two lists of a till share memory", till)
+			}
+		}
+	}
+	for _, basket := range till.Kept[len(till.Kept):cap(till.Kept)] {
+		if len(basket.Lines) != 0 {
+			t.Error("behind the kept baskets there is one more", basket)
+		}
+	}
+	clear(till.Kept[:cap(till.Kept)])
+	clear(till.Classes[:cap(till.Classes)])
+}
+
+func TestP1EachAnswerOfTillsIsNewMemory(t *testing.T) {
+	items, acts := shopItems(), mixedTillActs()
+	wantTold, wantTill := tillRunByWords(items, acts)
+	if len(wantTill.Now.Lines) == 0 || len(wantTill.Kept) != 2 || wantTill.Sales != 2 {
+		t.Fatal("the acts leave too little to share", wantTill)
+	}
+	for range 2 {
+		told, till, code := impl.TillRun(items, acts)
+		if code != impl.OK || !slices.Equal(told, wantTold) || !sameTill(till, wantTill) {
+			t.Fatal("an answer is kept", told, till, code)
+		}
+		clear(told[:cap(told)])
+		spoilTill(t, till)
+	}
+	if !slices.Equal(items, shopItems()) || !slices.Equal(acts, mixedTillActs()) {
+		t.Error("an answer shares memory", items, acts)
+	}
+	r := fixed()
+	for range 50 {
+		_, till, _ := impl.TillRun(items, someTillActs(r, items, impl.MaxActs, 0, 20, 6, 3, 10, 6, 2))
+		spoilTill(t, till)
 	}
 }
 
@@ -768,6 +897,13 @@ func answers(backwards bool) []string {
 	for _, acts := range oddActs() {
 		calls = append(calls, func() string { return fmt.Sprint(impl.PointsRun(acts)) })
 	}
+	for _, acts := range oddTillActs() {
+		calls = append(calls, func() string { return fmt.Sprint(impl.TillRun(shopItems(), acts)) })
+	}
+	for _, items := range oddItems() {
+		calls = append(calls, func() string { return fmt.Sprint(impl.ItemsOK(items)) })
+		calls = append(calls, func() string { return fmt.Sprint(impl.TillRun(items, mixedTillActs())) })
+	}
 	for _, rate := range oddRates() {
 		calls = append(calls, func() string { return fmt.Sprint(impl.RateOK(rate)) })
 		calls = append(calls, func() string { return fmt.Sprint(impl.Split(-1235, rate)) })
@@ -915,5 +1051,25 @@ func TestP1NoActsOfPointsAndNilAreTheSame(t *testing.T) {
 	toldE, accountE, codeE := impl.PointsRun([]impl.PointAct{})
 	if len(toldN) != 0 || len(toldE) != 0 || !sameAccount(accountN, accountE) || codeN != codeE {
 		t.Errorf("PointsRun: %v, %v, %d of nil; %v, %v, %d of no acts", toldN, accountN, codeN, toldE, accountE, codeE)
+	}
+}
+
+func TestP1NoItemsOrActsOfATillAndNilAreTheSame(t *testing.T) {
+	if !impl.ItemsOK(nil) || !impl.ItemsOK([]impl.Item{}) {
+		t.Error("no items are right items")
+	}
+	for _, acts := range oddTillActs() {
+		toldN, tillN, codeN := impl.TillRun(nil, acts)
+		toldE, tillE, codeE := impl.TillRun([]impl.Item{}, acts)
+		if !slices.Equal(toldN, toldE) || !sameTill(tillN, tillE) || codeN != codeE {
+			t.Errorf("TillRun: %v, %v, %d of nil; %v, %v, %d of no items", toldN, tillN, codeN, toldE, tillE, codeE)
+		}
+	}
+	for _, items := range oddItems() {
+		toldN, tillN, codeN := impl.TillRun(items, nil)
+		toldE, tillE, codeE := impl.TillRun(items, []impl.TillAct{})
+		if len(toldN) != 0 || len(toldE) != 0 || !sameTill(tillN, tillE) || codeN != codeE {
+			t.Errorf("TillRun: %v, %v, %d of nil; %v, %v, %d of no acts", toldN, tillN, codeN, toldE, tillE, codeE)
+		}
 	}
 }
