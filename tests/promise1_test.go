@@ -221,6 +221,27 @@ func oddItems() [][]impl.Item {
 	return lists
 }
 
+func oddHeld() [][]impl.Coins {
+	lists := append(append(rightHeld(), wrongHeld()...), coinsOf([2]int{1, 1}, [2]int{7, 3}, [2]int{9, 2}, [2]int{30, 1}))
+	for _, n := range append(oddNumbers(), impl.MaxHeld+1, impl.MaxCoin, impl.MaxCoin+1) {
+		lists = append(lists, coinsOf([2]int{n, 1}), coinsOf([2]int{1, n}), coinsOf([2]int{1, 2}, [2]int{n, n}))
+	}
+	return lists
+}
+
+func oddTenders() [][]impl.Tender {
+	lists := [][]impl.Tender{nil, {}, tendersOf(cash(300), voucher(200), foreign(333, 1, 2), card(400)), make([]impl.Tender, impl.MaxTenders), make([]impl.Tender, impl.MaxTenders+1), make([]impl.Tender, impl.MaxList), make([]impl.Tender, impl.MaxList+1), slices.Repeat(tendersOf(foreign(most, 10000, 1)), impl.MaxTenders)}
+	for _, n := range oddNumbers() {
+		lists = append(lists, tendersOf(voucher(n)), tendersOf(card(n)), tendersOf(cash(n)), tendersOf(foreign(n, 10000, 1)), tendersOf(impl.Tender{Kind: n, Amount: 5}), tendersOf(impl.Tender{Kind: n, Amount: n, Rate: rate(n, n)}))
+	}
+	for _, r := range oddRates() {
+		for kind := impl.TdVoucher; kind <= impl.TdForeign; kind++ {
+			lists = append(lists, tendersOf(cash(1), impl.Tender{Kind: kind, Amount: 5, Rate: r}))
+		}
+	}
+	return lists
+}
+
 // labelRows are right, and have a step at each of the minutes 1, 2, 4, 5 and 9 in north.
 func labelRows() []impl.PriceRow {
 	return []impl.PriceRow{priceRow("milk", "", 1, 1, 9, 120), priceRow("milk", "north", 1, 2, 5, 130), priceRow("milk", "", 2, 4, 5, 99)}
@@ -454,6 +475,28 @@ func TestP1TillsOfAnyKindAreAnswered(t *testing.T) {
 	}
 }
 
+func TestP1CoinsAndTendersOfAnyKindAreAnswered(t *testing.T) {
+	for _, held := range oddHeld() {
+		impl.HeldOK(held)
+		for _, due := range oddNumbers() {
+			counts, code := impl.Change(due, held)
+			mustBeZero(t, "Change", code, len(counts) == 0)
+			if code == impl.OK && len(counts) != len(held) {
+				t.Errorf("Change tells %d of %d kinds", len(counts), len(held))
+			}
+		}
+	}
+	for _, tenders := range oddTenders() {
+		for _, total := range oddNumbers() {
+			paid, code := impl.PayMix(total, tenders)
+			mustBeZero(t, "PayMix", code, paid == impl.Paid{})
+			if paid.Voucher < 0 || paid.Card < 0 || paid.Cash < 0 || paid.Lost < 0 || paid.Change < 0 || paid.Missing < 0 {
+				t.Errorf("PayMix(%d, %v) = %+v: below nothing", total, tenders, paid)
+			}
+		}
+	}
+}
+
 func TestP1NoArgumentIsChanged(t *testing.T) {
 	for _, amount := range []int{1000, -10, 0, most, -most, most + 1} {
 		for _, list := range oddLists() {
@@ -603,6 +646,44 @@ func TestP1NoItemOrActOfATillIsChanged(t *testing.T) {
 		if !slices.Equal(held, before) {
 			t.Fatalf("items that were given are changed: %.300v", held)
 		}
+	}
+}
+
+func TestP1NoCoinOrTenderIsChanged(t *testing.T) {
+	for _, held := range oddHeld() {
+		given := append(slices.Clone(held), impl.Coins{Value: 7, Count: 8})
+		before := slices.Clone(given)
+		impl.HeldOK(given[:len(held)])
+		impl.Change(21, given[:len(held)])
+		impl.Change(impl.MaxChange, given[:len(held)])
+		if !slices.Equal(given, before) {
+			t.Fatalf("coins that were given are changed: %.300v", given)
+		}
+	}
+	for _, tenders := range oddTenders() {
+		given := append(slices.Clone(tenders), cash(7))
+		before := slices.Clone(given)
+		impl.PayMix(1000, given[:len(tenders)])
+		if !slices.Equal(given, before) {
+			t.Fatalf("tenders that were given are changed: %.300v", given)
+		}
+	}
+}
+
+func TestP1EachListOfChangeIsNewMemory(t *testing.T) {
+	held := coinsOf([2]int{1, 1}, [2]int{7, 3}, [2]int{9, 2}, [2]int{30, 1})
+	for range 2 {
+		counts, code := impl.Change(25, held)
+		if code != impl.OK || !slices.Equal(counts, []int{0, 1, 2, 0}) {
+			t.Fatal("an answer is kept", counts, code)
+		}
+		counts = counts[:cap(counts)]
+		for i := range counts {
+			counts[i] = -1
+		}
+	}
+	if !slices.Equal(held, coinsOf([2]int{1, 1}, [2]int{7, 3}, [2]int{9, 2}, [2]int{30, 1})) {
+		t.Error("an answer shares memory", held)
 	}
 }
 
@@ -904,6 +985,15 @@ func answers(backwards bool) []string {
 		calls = append(calls, func() string { return fmt.Sprint(impl.ItemsOK(items)) })
 		calls = append(calls, func() string { return fmt.Sprint(impl.TillRun(items, mixedTillActs())) })
 	}
+	for _, held := range oddHeld() {
+		calls = append(calls, func() string { return fmt.Sprint(impl.HeldOK(held)) })
+		for _, due := range []int{0, 3, 21, 100} {
+			calls = append(calls, func() string { return fmt.Sprint(impl.Change(due, held)) })
+		}
+	}
+	for _, tenders := range oddTenders() {
+		calls = append(calls, func() string { return fmt.Sprint(impl.PayMix(1000, tenders)) })
+	}
 	for _, rate := range oddRates() {
 		calls = append(calls, func() string { return fmt.Sprint(impl.RateOK(rate)) })
 		calls = append(calls, func() string { return fmt.Sprint(impl.Split(-1235, rate)) })
@@ -1070,6 +1160,24 @@ func TestP1NoItemsOrActsOfATillAndNilAreTheSame(t *testing.T) {
 		toldE, tillE, codeE := impl.TillRun(items, []impl.TillAct{})
 		if len(toldN) != 0 || len(toldE) != 0 || !sameTill(tillN, tillE) || codeN != codeE {
 			t.Errorf("TillRun: %v, %v, %d of nil; %v, %v, %d of no acts", toldN, tillN, codeN, toldE, tillE, codeE)
+		}
+	}
+}
+
+func TestP1NoCoinsOrTendersAndNilAreTheSame(t *testing.T) {
+	if !impl.HeldOK(nil) || !impl.HeldOK([]impl.Coins{}) {
+		t.Error("no coins are right coins")
+	}
+	for _, n := range oddNumbers() {
+		countsN, codeN := impl.Change(n, nil)
+		countsE, codeE := impl.Change(n, []impl.Coins{})
+		if len(countsN) != 0 || len(countsE) != 0 || codeN != codeE {
+			t.Errorf("Change(%d): %v, %d of nil; %v, %d of no coins", n, countsN, codeN, countsE, codeE)
+		}
+		paidN, codeN := impl.PayMix(n, nil)
+		paidE, codeE := impl.PayMix(n, []impl.Tender{})
+		if paidN != paidE || codeN != codeE {
+			t.Errorf("PayMix(%d): %v, %d of nil; %v, %d of no tenders", n, paidN, codeN, paidE, codeE)
 		}
 	}
 }
