@@ -8,6 +8,7 @@ import (
 	"strings"
 	"sync"
 	"testing"
+	"unsafe"
 
 	"loop.example/g00067/impl"
 )
@@ -240,6 +241,37 @@ func oddTenders() [][]impl.Tender {
 		}
 	}
 	return lists
+}
+
+func oddEntries() [][]impl.Entry {
+	right := chainByWords(dayEvents())
+	lists := [][]impl.Entry{nil, {}, make([]impl.Entry, 1), dayEvents(), right, right[1:], chainByWords(longEvents(impl.MaxEntries)), chainByWords(longEvents(impl.MaxEntries + 1)), make([]impl.Entry, impl.MaxList), make([]impl.Entry, impl.MaxList+1)}
+	for _, e := range slices.Concat(rightEvents(), wrongEvents()) {
+		lists = append(lists, chainByWords(entriesOf(event(1, 5, "cash"), e)))
+	}
+	for _, n := range oddNumbers() {
+		for _, e := range entriesOf(impl.Entry{Seq: n, Kind: 1}, impl.Entry{Seq: 2, Kind: n}, impl.Entry{Seq: 2, Kind: 1, Amount: n}, impl.Entry{Seq: 2, Kind: 1, Sum: n}, impl.Entry{Seq: n, Kind: n, Amount: n, Sum: n}) {
+			lists = append(lists, entriesOf(right[0], e, e))
+		}
+	}
+	for _, text := range oddTexts() {
+		lists = append(lists, chainByWords(entriesOf(event(1, 5, text), event(1, 5, text))))
+	}
+	return lists
+}
+
+func oddJournalTexts() []string {
+	text := textByWords(chainByWords(dayEvents()))
+	texts := append(oddTexts(), text, text[:len(text)-1], text[1:], text+"x", text+"\n", "\n"+text, strings.Repeat("\n", impl.MaxText), strings.Repeat("1 1 1 1 \n", 5000), textByWords(chainByWords(longEvents(impl.MaxEntries))), textByWords(chainByWords(longEvents(impl.MaxEntries+1))), strings.Repeat(text, 500))
+	for _, number := range textsThatAreNoNumbers() {
+		texts = append(texts, entryLine(number, "1", "1", "500", "cash"), entryLine("1", number, "1", "500", "cash"), entryLine("1", "1", number, number, number))
+	}
+	for _, list := range oddEntries() {
+		if len(list) <= impl.MaxEntries {
+			texts = append(texts, textByWords(list))
+		}
+	}
+	return texts
 }
 
 // labelRows are right, and have a step at each of the minutes 1, 2, 4, 5 and 9 in north.
@@ -497,6 +529,34 @@ func TestP1CoinsAndTendersOfAnyKindAreAnswered(t *testing.T) {
 	}
 }
 
+func TestP1JournalsOfAnyKindAreAnswered(t *testing.T) {
+	for _, list := range oddEntries() {
+		chained, code := impl.Chain(list)
+		mustBeZero(t, "Chain", code, len(chained) == 0)
+		if code == impl.OK && len(chained) != len(list) {
+			t.Errorf("Chain tells %d of %d entries", len(chained), len(list))
+		}
+		code, place := impl.CheckJournal(list)
+		mustBeZero(t, "CheckJournal", code, true)
+		if place < 0 || place > 0 && (place >= len(list) || code == impl.OK || code == impl.ErrLong || code == impl.ErrMany) {
+			t.Errorf("CheckJournal of %d entries: %d at %d", len(list), code, place)
+		}
+		text, code := impl.JournalText(list)
+		mustBeZero(t, "JournalText", code, text == "")
+		for _, counted := range oddNumbers() {
+			off, code := impl.Counted(list, counted)
+			mustBeZero(t, "Counted", code, off == 0)
+		}
+	}
+	for _, text := range oddJournalTexts() {
+		list, code, line := impl.ReadJournal(text)
+		mustBeZero(t, "ReadJournal", code, len(list) == 0)
+		if (line == 0) != (code == impl.OK || code == impl.ErrLong || code == impl.ErrMany) || line < 0 || line > impl.MaxEntries {
+			t.Errorf("ReadJournal(%.100q): %d, line %d", text, code, line)
+		}
+	}
+}
+
 func TestP1NoArgumentIsChanged(t *testing.T) {
 	for _, amount := range []int{1000, -10, 0, most, -most, most + 1} {
 		for _, list := range oddLists() {
@@ -666,6 +726,64 @@ func TestP1NoCoinOrTenderIsChanged(t *testing.T) {
 		impl.PayMix(1000, given[:len(tenders)])
 		if !slices.Equal(given, before) {
 			t.Fatalf("tenders that were given are changed: %.300v", given)
+		}
+	}
+}
+
+func TestP1NoEntryIsChanged(t *testing.T) {
+	for _, list := range oddEntries() {
+		held := append(slices.Clone(list), event(7, 8, "behind"))
+		before := slices.Clone(held)
+		given := held[:len(list)]
+		impl.Chain(given)
+		impl.CheckJournal(given)
+		impl.JournalText(given)
+		impl.Counted(given, 5)
+		if !slices.Equal(held, before) {
+			t.Fatalf("entries that were given are changed: %.300v", held)
+		}
+	}
+}
+
+func TestP1EachJournalIsNewMemory(t *testing.T) {
+	given, want := dayEvents(), chainByWords(dayEvents())
+	for range 2 {
+		chained, code := impl.Chain(given)
+		if code != impl.OK || !slices.Equal(chained, want) {
+			t.Fatal("an answer is kept", chained, code)
+		}
+		again, _ := impl.Chain(chained)
+		read, code, _ := impl.ReadJournal(textByWords(want))
+		if code != impl.OK || !slices.Equal(read, want) {
+			t.Fatal("an answer is kept", read, code)
+		}
+		clear(chained[:cap(chained)])
+		clear(read[:cap(read)])
+		if !slices.Equal(again, want) {
+			t.Fatal("an answer shares memory", again)
+		}
+	}
+	if !slices.Equal(given, dayEvents()) {
+		t.Error("an answer shares memory", given)
+	}
+}
+
+// Texts of an answer do not hold on to the text that was read, nor to those that were given.
+func TestP1EachTextOfAJournalIsNewMemory(t *testing.T) {
+	given := chainByWords(dayEvents())
+	text := textByWords(given)
+	read, _, _ := impl.ReadJournal(text)
+	chained, _ := impl.Chain(given)
+	for i := range given {
+		if len(given[i].Text) == 0 {
+			continue
+		}
+		if unsafe.StringData(chained[i].Text) == unsafe.StringData(given[i].Text) {
+			t.Error("Chain hands out a text that it was given", i)
+		}
+		start, at := uintptr(unsafe.Pointer(unsafe.StringData(text))), uintptr(unsafe.Pointer(unsafe.StringData(read[i].Text)))
+		if at >= start && at < start+uintptr(len(text)) {
+			t.Error("ReadJournal hands out a piece of the text", i)
 		}
 	}
 }
@@ -994,6 +1112,15 @@ func answers(backwards bool) []string {
 	for _, tenders := range oddTenders() {
 		calls = append(calls, func() string { return fmt.Sprint(impl.PayMix(1000, tenders)) })
 	}
+	for _, list := range oddEntries() {
+		calls = append(calls, func() string { return fmt.Sprint(impl.Chain(list)) })
+		calls = append(calls, func() string { return fmt.Sprint(impl.CheckJournal(list)) })
+		calls = append(calls, func() string { return fmt.Sprint(impl.JournalText(list)) })
+		calls = append(calls, func() string { return fmt.Sprint(impl.Counted(list, 551)) })
+	}
+	for _, text := range oddJournalTexts() {
+		calls = append(calls, func() string { return fmt.Sprint(impl.ReadJournal(text)) })
+	}
 	for _, rate := range oddRates() {
 		calls = append(calls, func() string { return fmt.Sprint(impl.RateOK(rate)) })
 		calls = append(calls, func() string { return fmt.Sprint(impl.Split(-1235, rate)) })
@@ -1178,6 +1305,31 @@ func TestP1NoCoinsOrTendersAndNilAreTheSame(t *testing.T) {
 		paidE, codeE := impl.PayMix(n, []impl.Tender{})
 		if paidN != paidE || codeN != codeE {
 			t.Errorf("PayMix(%d): %v, %d of nil; %v, %d of no tenders", n, paidN, codeN, paidE, codeE)
+		}
+	}
+}
+
+func TestP1NoEntriesAndNilAreTheSame(t *testing.T) {
+	chainedN, codeN := impl.Chain(nil)
+	chainedE, codeE := impl.Chain([]impl.Entry{})
+	if len(chainedN) != 0 || len(chainedE) != 0 || codeN != codeE {
+		t.Errorf("Chain: %v, %d of nil; %v, %d of no entries", chainedN, codeN, chainedE, codeE)
+	}
+	codeN, placeN := impl.CheckJournal(nil)
+	codeE, placeE := impl.CheckJournal([]impl.Entry{})
+	if codeN != codeE || placeN != placeE {
+		t.Errorf("CheckJournal: %d, %d of nil; %d, %d of no entries", codeN, placeN, codeE, placeE)
+	}
+	textN, codeN := impl.JournalText(nil)
+	textE, codeE := impl.JournalText([]impl.Entry{})
+	if textN != textE || codeN != codeE {
+		t.Errorf("JournalText: %q, %d of nil; %q, %d of no entries", textN, codeN, textE, codeE)
+	}
+	for _, counted := range oddNumbers() {
+		offN, codeN := impl.Counted(nil, counted)
+		offE, codeE := impl.Counted([]impl.Entry{}, counted)
+		if offN != offE || codeN != codeE {
+			t.Errorf("Counted(%d): %d, %d of nil; %d, %d of no entries", counted, offN, codeN, offE, codeE)
 		}
 	}
 }
