@@ -274,6 +274,48 @@ func oddJournalTexts() []string {
 	return texts
 }
 
+// mixedPayActs have each kind of act and of code; behind them there are payments that are open, captured and reversed.
+func mixedPayActs() []impl.PayAct {
+	full, _ := manyPayments(impl.MaxPayments)
+	return append(payActs(
+		authorised("käse", 100), authorised("b", 50), impl.PayAct{Kind: 9}, captured("käse", 60), captured("käse", 41), captured("none", 1), refunded("käse", 10), refunded("käse", 51), authorised("b", 5), authorised("9", 5), authorised("c", 0), captured("b", 0), captured("b", 50), captured("b", 1), reversed("b"), reversed("none"), authorised("d", 7), reversed("d"), refunded("none", 1), refunded("b", 0), refunded("b", 50),
+	), full...)
+}
+
+func oddPayActs() [][]impl.PayAct {
+	lists := [][]impl.PayAct{nil, {}, make([]impl.PayAct, 1), mixedPayActs(), make([]impl.PayAct, impl.MaxActs), make([]impl.PayAct, impl.MaxActs+1), make([]impl.PayAct, impl.MaxList), make([]impl.PayAct, impl.MaxList+1)}
+	for _, n := range oddNumbers() {
+		for _, act := range payActs(impl.PayAct{Kind: n, Id: "a", Amount: 1}, impl.PayAct{Kind: n, Id: "a", Amount: n}, authorised("b", n), captured("a", n), impl.PayAct{Kind: impl.PyReverse, Id: "a", Amount: n}, refunded("a", n)) {
+			lists = append(lists, payActs(act, authorised("a", 100), act, captured("a", 60), act, refunded("a", 5), act, act, reversed("a"), act))
+		}
+	}
+	for _, text := range oddTexts() {
+		lists = append(lists, payActs(authorised(text, 5), captured(text, 1), refunded(text, 1), reversed(text), authorised(text, 5)))
+	}
+	return lists
+}
+
+// mixedSettled are right, and have pairs, entries that are alike, and others on both sides.
+func mixedSettled() (mine, bank []impl.Settled) {
+	return settledOf(settled("a", 5), settled("käse", -7), settled("a", 5), settled("b", 9), settled("a", 5), settled("c", most)),
+		settledOf(settled("b", 8), settled("a", 5), settled("käse", -7), settled("a", 5), settled("d", 0))
+}
+
+func oddSettled() [][]impl.Settled {
+	mine, bank := mixedSettled()
+	lists := [][]impl.Settled{nil, {}, mine, bank, manySettled(impl.MaxPayments), manySettled(impl.MaxPayments + 1), make([]impl.Settled, impl.MaxList), make([]impl.Settled, impl.MaxList+1)}
+	for _, wrong := range wrongSettled() {
+		lists = append(lists, settledOf(wrong), settledOf(settled("a", 5), wrong))
+	}
+	for _, n := range oddNumbers() {
+		lists = append(lists, settledOf(settled("a", n), settled("a", n)))
+	}
+	for _, text := range oddTexts() {
+		lists = append(lists, settledOf(settled(text, 5)))
+	}
+	return lists
+}
+
 // labelRows are right, and have a step at each of the minutes 1, 2, 4, 5 and 9 in north.
 func labelRows() []impl.PriceRow {
 	return []impl.PriceRow{priceRow("milk", "", 1, 1, 9, 120), priceRow("milk", "north", 1, 2, 5, 130), priceRow("milk", "", 2, 4, 5, 99)}
@@ -557,6 +599,30 @@ func TestP1JournalsOfAnyKindAreAnswered(t *testing.T) {
 	}
 }
 
+func TestP1PaymentsOfAnyKindAreAnswered(t *testing.T) {
+	for _, acts := range oddPayActs() {
+		codes, payments, code := impl.PayRun(acts)
+		mustBeZero(t, "PayRun", code, len(codes) == 0 && len(payments) == 0)
+		if code == impl.OK && len(codes) != len(acts) {
+			t.Errorf("PayRun tells %d of %d acts", len(codes), len(acts))
+		}
+		for _, code := range codes {
+			if impl.CodeWord(code) == "" {
+				t.Errorf("PayRun: %d is no code", code)
+			}
+		}
+	}
+	for _, mine := range oddSettled() {
+		for _, bank := range oddSettled() {
+			match, code := impl.Settle(mine, bank)
+			mustBeZero(t, "Settle", code, sameMatch(match, impl.Match{}))
+			if code == impl.OK && (len(match.Pairs)+len(match.Mine) != len(mine) || len(match.Pairs)+len(match.Bank) != len(bank)) {
+				t.Errorf("Settle tells %+v of %d and %d entries", match, len(mine), len(bank))
+			}
+		}
+	}
+}
+
 func TestP1NoArgumentIsChanged(t *testing.T) {
 	for _, amount := range []int{1000, -10, 0, most, -most, most + 1} {
 		for _, list := range oddLists() {
@@ -742,6 +808,78 @@ func TestP1NoEntryIsChanged(t *testing.T) {
 		if !slices.Equal(held, before) {
 			t.Fatalf("entries that were given are changed: %.300v", held)
 		}
+	}
+}
+
+func TestP1NoActOfPaymentsOrSettledEntryIsChanged(t *testing.T) {
+	for _, acts := range oddPayActs() {
+		held := append(slices.Clone(acts), authorised("behind", 7))
+		before := slices.Clone(held)
+		impl.PayRun(held[:len(acts)])
+		if !slices.Equal(held, before) {
+			t.Fatalf("acts that were given are changed: %.300v", held)
+		}
+	}
+	for _, list := range oddSettled() {
+		mine, bank := append(slices.Clone(list), settled("behind", 7)), append(slices.Clone(list), settled("behind", 8))
+		mineBefore, bankBefore := slices.Clone(mine), slices.Clone(bank)
+		impl.Settle(mine[:len(list)], bank[:len(list)])
+		if !slices.Equal(mine, mineBefore) || !slices.Equal(bank, bankBefore) {
+			t.Fatalf("entries that were given are changed: %.300v, %.300v", mine, bank)
+		}
+	}
+}
+
+func TestP1EachAnswerOfPaymentsIsNewMemory(t *testing.T) {
+	given := mixedPayActs()
+	wantCodes, want := payRunByWords(given)
+	for range 2 {
+		codes, payments, code := impl.PayRun(given)
+		if code != impl.OK || !slices.Equal(codes, wantCodes) || !slices.Equal(payments, want) {
+			t.Fatal("an answer is kept", codes, payments, code)
+		}
+		for i, p := range payments {
+			if slices.ContainsFunc(given, func(act impl.PayAct) bool { return unsafe.StringData(act.Id) == unsafe.StringData(p.Id) }) {
+				t.Error("PayRun hands out a text that it was given", i)
+			}
+		}
+		clear(codes[:cap(codes)])
+		clear(payments[:cap(payments)])
+	}
+	if !slices.Equal(given, mixedPayActs()) {
+		t.Error("an answer shares memory", given)
+	}
+}
+
+func TestP1EachMatchIsNewMemory(t *testing.T) {
+	mine, bank := mixedSettled()
+	want := matchByWords(mine, bank)
+	if len(want.Pairs) != 3 || len(want.Mine) != 3 || len(want.Bank) != 2 {
+		t.Fatal("the match leaves too little to share", want)
+	}
+	for range 2 {
+		match, code := impl.Settle(mine, bank)
+		if code != impl.OK || !sameMatch(match, want) {
+			t.Fatal("an answer is kept", match, code)
+		}
+		lists := append(slices.Clone(match.Pairs), match.Mine, match.Bank)
+		for number, list := range lists { // each is written over, behind its end too
+			for i := range list[:cap(list)] {
+				list[:cap(list)][i] = -1 - number
+			}
+		}
+		for number, list := range lists {
+			for _, place := range list[:cap(list)] {
+				if place != -1-number {
+					t.Error("two lists of a match share memory", match)
+				}
+			}
+		}
+		clear(match.Pairs[:cap(match.Pairs)])
+	}
+	mineAgain, bankAgain := mixedSettled()
+	if !slices.Equal(mine, mineAgain) || !slices.Equal(bank, bankAgain) {
+		t.Error("an answer shares memory", mine, bank)
 	}
 }
 
@@ -1121,6 +1259,14 @@ func answers(backwards bool) []string {
 	for _, text := range oddJournalTexts() {
 		calls = append(calls, func() string { return fmt.Sprint(impl.ReadJournal(text)) })
 	}
+	for _, acts := range oddPayActs() {
+		calls = append(calls, func() string { return fmt.Sprint(impl.PayRun(acts)) })
+	}
+	for _, list := range oddSettled() {
+		mine, bank := mixedSettled()
+		calls = append(calls, func() string { return fmt.Sprint(impl.Settle(list, bank)) })
+		calls = append(calls, func() string { return fmt.Sprint(impl.Settle(mine, list)) })
+	}
 	for _, rate := range oddRates() {
 		calls = append(calls, func() string { return fmt.Sprint(impl.RateOK(rate)) })
 		calls = append(calls, func() string { return fmt.Sprint(impl.Split(-1235, rate)) })
@@ -1330,6 +1476,26 @@ func TestP1NoEntriesAndNilAreTheSame(t *testing.T) {
 		offE, codeE := impl.Counted([]impl.Entry{}, counted)
 		if offN != offE || codeN != codeE {
 			t.Errorf("Counted(%d): %d, %d of nil; %d, %d of no entries", counted, offN, codeN, offE, codeE)
+		}
+	}
+}
+
+func TestP1NoActsOfPaymentsOrSettledEntriesAndNilAreTheSame(t *testing.T) {
+	codesN, paymentsN, codeN := impl.PayRun(nil)
+	codesE, paymentsE, codeE := impl.PayRun([]impl.PayAct{})
+	if len(codesN) != 0 || len(codesE) != 0 || len(paymentsN) != 0 || len(paymentsE) != 0 || codeN != codeE {
+		t.Errorf("PayRun: %v, %v, %d of nil; %v, %v, %d of no acts", codesN, paymentsN, codeN, codesE, paymentsE, codeE)
+	}
+	for _, list := range oddSettled() {
+		matchN, codeN := impl.Settle(nil, list)
+		matchE, codeE := impl.Settle([]impl.Settled{}, list)
+		if !sameMatch(matchN, matchE) || codeN != codeE {
+			t.Errorf("Settle: %+v, %d of nil; %+v, %d of none", matchN, codeN, matchE, codeE)
+		}
+		matchN, codeN = impl.Settle(list, nil)
+		matchE, codeE = impl.Settle(list, []impl.Settled{})
+		if !sameMatch(matchN, matchE) || codeN != codeE {
+			t.Errorf("Settle: %+v, %d of nil; %+v, %d of none", matchN, codeN, matchE, codeE)
 		}
 	}
 }
