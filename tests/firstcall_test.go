@@ -37,6 +37,7 @@ func firstCalls() []firstCall {
 			codes, payments := payRunByWords(mixedPayActs())
 			return fmt.Sprint(codes, payments, impl.OK)
 		}},
+		{"MergeEvents", func() string { return fmt.Sprint(impl.MergeEvents(mixedLog()[:7], mixedLog()[3:])) }, is(mixedLog(), impl.OK)},
 		{"CodeWord", func() string { return fmt.Sprint(impl.CodeWord(impl.ErrShort)) }, is("short")},
 		{"CodeOf", func() string { return fmt.Sprint(impl.CodeOf("short")) }, is(impl.ErrShort)},
 	}

@@ -316,6 +316,19 @@ func oddSettled() [][]impl.Settled {
 	return lists
 }
 
+func oddLogs() [][]impl.Event {
+	lists := slices.Concat(rightLogs(), wrongLogs(), [][]impl.Event{make([]impl.Event, impl.MaxList+1), slices.Repeat(mixedLog(), 500)})
+	for _, n := range oddNumbers() {
+		for _, e := range logOf(loadAt(n, 2, 5, "c", 5), loadAt(1, n, 5, "c", 5), loadAt(1, 2, n, "c", 5), loadAt(1, 2, 5, "c", n), impl.Event{Shop: 1, Seq: 2, Time: 5, Kind: n, Card: "c", Amount: n}, loadAt(n, n, n, "c", n)) {
+			lists = append(lists, logOf(e), logOf(loadAt(1, 1, 1, "c", 1), e))
+		}
+	}
+	for _, text := range oddTexts() {
+		lists = append(lists, logOf(loadAt(1, 1, 1, text, 1), couponAt(2, 1, 1, text)))
+	}
+	return lists
+}
+
 // labelRows are right, and have a step at each of the minutes 1, 2, 4, 5 and 9 in north.
 func labelRows() []impl.PriceRow {
 	return []impl.PriceRow{priceRow("milk", "", 1, 1, 9, 120), priceRow("milk", "north", 1, 2, 5, 130), priceRow("milk", "", 2, 4, 5, 99)}
@@ -623,6 +636,24 @@ func TestP1PaymentsOfAnyKindAreAnswered(t *testing.T) {
 	}
 }
 
+func TestP1LogsOfAnyKindAreAnswered(t *testing.T) {
+	for _, list := range oddLogs() {
+		impl.EventsOK(list)
+		for _, other := range [][]impl.Event{nil, list, mixedLog(), fullLog(), make([]impl.Event, impl.MaxList+1)} {
+			merged, code := impl.MergeEvents(list, other)
+			mustBeZero(t, "MergeEvents", code, len(merged) == 0)
+			merged, code = impl.MergeEvents(other, list)
+			mustBeZero(t, "MergeEvents", code, len(merged) == 0)
+		}
+		ledger, code := impl.LedgerOf(list)
+		mustBeZero(t, "LedgerOf", code, sameLedger(ledger, impl.Ledger{}))
+		for _, shop := range oddNumbers() {
+			seq, code := impl.Missed(list, shop)
+			mustBeZero(t, "Missed", code, seq == 0)
+		}
+	}
+}
+
 func TestP1NoArgumentIsChanged(t *testing.T) {
 	for _, amount := range []int{1000, -10, 0, most, -most, most + 1} {
 		for _, list := range oddLists() {
@@ -827,6 +858,70 @@ func TestP1NoActOfPaymentsOrSettledEntryIsChanged(t *testing.T) {
 		if !slices.Equal(mine, mineBefore) || !slices.Equal(bank, bankBefore) {
 			t.Fatalf("entries that were given are changed: %.300v, %.300v", mine, bank)
 		}
+	}
+}
+
+func TestP1NoEventIsChanged(t *testing.T) {
+	for _, list := range oddLogs() {
+		for _, other := range [][]impl.Event{mixedLog(), fullLog()} {
+			one, two := append(slices.Clone(list), couponAt(7, 7, 7, "behind")), append(slices.Clone(other), couponAt(8, 8, 8, "behind"))
+			oneBefore, twoBefore := slices.Clone(one), slices.Clone(two)
+			impl.EventsOK(one[:len(list)])
+			impl.MergeEvents(one[:len(list)], two[:len(other)])
+			impl.MergeEvents(two[:len(other)], one[:len(list)])
+			impl.MergeEvents(one[:len(list)], one[:len(list)])
+			impl.LedgerOf(one[:len(list)])
+			impl.Missed(one[:len(list)], 1)
+			if !slices.Equal(one, oneBefore) || !slices.Equal(two, twoBefore) {
+				t.Fatalf("events that were given are changed: %.300v, %.300v", one, two)
+			}
+		}
+	}
+}
+
+func TestP1EachMergeIsNewMemory(t *testing.T) {
+	given, part := mixedLog(), mixedLog()[:6]
+	for _, lists := range [][2][]impl.Event{{given, part}, {part, given}, {given, nil}, {nil, given}, {given, given}} {
+		for range 2 {
+			merged, code := impl.MergeEvents(lists[0], lists[1])
+			if code != impl.OK || !slices.Equal(merged, mixedLog()) {
+				t.Fatal("an answer is kept", merged, code)
+			}
+			for i, e := range merged {
+				if slices.ContainsFunc(slices.Concat(given, part), func(g impl.Event) bool { return unsafe.StringData(g.Card) == unsafe.StringData(e.Card) }) {
+					t.Error("MergeEvents hands out a text that it was given", i)
+				}
+			}
+			clear(merged[:cap(merged)])
+		}
+	}
+	if !slices.Equal(given, mixedLog()) || !slices.Equal(part, mixedLog()[:6]) {
+		t.Error("an answer shares memory", given, part)
+	}
+}
+
+func TestP1EachLedgerIsNewMemory(t *testing.T) {
+	given, want := mixedLog(), ledgerByWords(mixedLog())
+	for range 2 {
+		ledger, code := impl.LedgerOf(given)
+		if code != impl.OK || !sameLedger(ledger, want) {
+			t.Fatal("an answer is kept", ledger, code)
+		}
+		texts := slices.Clone(ledger.Coupons)
+		for _, c := range ledger.Cards {
+			texts = append(texts, c.Name)
+		}
+		for _, text := range texts {
+			if slices.ContainsFunc(given, func(e impl.Event) bool { return unsafe.StringData(e.Card) == unsafe.StringData(text) }) {
+				t.Error("LedgerOf hands out a text that it was given", text)
+			}
+		}
+		clear(ledger.Cards[:cap(ledger.Cards)])
+		clear(ledger.Coupons[:cap(ledger.Coupons)])
+		clear(ledger.Refused[:cap(ledger.Refused)])
+	}
+	if !slices.Equal(given, mixedLog()) {
+		t.Error("an answer shares memory", given)
 	}
 }
 
@@ -1267,6 +1362,13 @@ func answers(backwards bool) []string {
 		calls = append(calls, func() string { return fmt.Sprint(impl.Settle(list, bank)) })
 		calls = append(calls, func() string { return fmt.Sprint(impl.Settle(mine, list)) })
 	}
+	for _, list := range oddLogs() {
+		calls = append(calls, func() string { return fmt.Sprint(impl.EventsOK(list)) })
+		calls = append(calls, func() string { return fmt.Sprint(impl.MergeEvents(list, mixedLog())) })
+		calls = append(calls, func() string { return fmt.Sprint(impl.MergeEvents(mixedLog(), list)) })
+		calls = append(calls, func() string { return fmt.Sprint(impl.LedgerOf(list)) })
+		calls = append(calls, func() string { return fmt.Sprint(impl.Missed(list, 1)) })
+	}
 	for _, rate := range oddRates() {
 		calls = append(calls, func() string { return fmt.Sprint(impl.RateOK(rate)) })
 		calls = append(calls, func() string { return fmt.Sprint(impl.Split(-1235, rate)) })
@@ -1496,6 +1598,36 @@ func TestP1NoActsOfPaymentsOrSettledEntriesAndNilAreTheSame(t *testing.T) {
 		matchE, codeE = impl.Settle(list, []impl.Settled{})
 		if !sameMatch(matchN, matchE) || codeN != codeE {
 			t.Errorf("Settle: %+v, %d of nil; %+v, %d of none", matchN, codeN, matchE, codeE)
+		}
+	}
+}
+
+func TestP1NoEventsAndNilAreTheSame(t *testing.T) {
+	if !impl.EventsOK(nil) || !impl.EventsOK([]impl.Event{}) {
+		t.Error("no events are a right list")
+	}
+	for _, list := range oddLogs() {
+		mergedN, codeN := impl.MergeEvents(nil, list)
+		mergedE, codeE := impl.MergeEvents([]impl.Event{}, list)
+		if !slices.Equal(mergedN, mergedE) || codeN != codeE {
+			t.Errorf("MergeEvents: %.300v, %d of nil; %.300v, %d of none", mergedN, codeN, mergedE, codeE)
+		}
+		mergedN, codeN = impl.MergeEvents(list, nil)
+		mergedE, codeE = impl.MergeEvents(list, []impl.Event{})
+		if !slices.Equal(mergedN, mergedE) || codeN != codeE {
+			t.Errorf("MergeEvents: %.300v, %d of nil; %.300v, %d of none", mergedN, codeN, mergedE, codeE)
+		}
+	}
+	ledgerN, codeN := impl.LedgerOf(nil)
+	ledgerE, codeE := impl.LedgerOf([]impl.Event{})
+	if !sameLedger(ledgerN, ledgerE) || codeN != codeE {
+		t.Errorf("LedgerOf: %+v, %d of nil; %+v, %d of none", ledgerN, codeN, ledgerE, codeE)
+	}
+	for _, shop := range oddNumbers() {
+		seqN, codeN := impl.Missed(nil, shop)
+		seqE, codeE := impl.Missed([]impl.Event{}, shop)
+		if seqN != seqE || codeN != codeE {
+			t.Errorf("Missed(%d): %d, %d of nil; %d, %d of none", shop, seqN, codeN, seqE, codeE)
 		}
 	}
 }
