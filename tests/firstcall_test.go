@@ -28,33 +28,47 @@ func firstCalls() []firstCall {
 	is := func(answer ...any) func() string { return func() string { return fmt.Sprint(answer...) } }
 	return []firstCall{
 		{"Chain", func() string { return fmt.Sprint(impl.Chain(dayEvents())) }, is(journal, impl.OK)},
-		{"Chain at once", chainedAtOnce, is(journal, impl.OK)},
+		{"Chain at once", atOnce(func() string { return fmt.Sprint(impl.Chain(dayEvents())) }), is(journal, impl.OK)},
 		{"CheckJournal", func() string { return fmt.Sprint(impl.CheckJournal(journal)) }, is(impl.OK, 0)},
 		{"JournalText", func() string { return fmt.Sprint(impl.JournalText(journal)) }, is(text, impl.OK)},
 		{"ReadJournal", func() string { return fmt.Sprint(impl.ReadJournal(text)) }, is(journal, impl.OK, 0)},
 		{"Counted", func() string { return fmt.Sprint(impl.Counted(journal[:3], 551)) }, is(1, impl.OK)},
-		{"PayRun", func() string { return fmt.Sprint(impl.PayRun(mixedPayActs())) }, func() string {
-			codes, payments := payRunByWords(mixedPayActs())
-			return fmt.Sprint(codes, payments, impl.OK)
-		}},
+		{"PayRun", payRunSaid(mixedPayActs()), wordsSaid(mixedPayActs())},
+		{"PayRun at once", atOnce(payRunSaid(mixedPayActs())), wordsSaid(mixedPayActs())},
+		{"PayRun of a capture", payRunSaid(payActs(captured("a", 1))), is([]int{impl.ErrNone}, []impl.Payment{}, impl.OK)},
+		{"PayRun of one that is open", payRunSaid(payActs(authorised("a", 5), refunded("a", 1))), is([]int{impl.OK, impl.ErrShort}, []impl.Payment{open("a", 5, 0, 0)}, impl.OK)},
+		{"PayRun of one that is closed", payRunSaid(payActs(authorised("a", 5), captured("a", 5), reversed("a"))), is([]int{impl.OK, impl.OK, impl.ErrState}, []impl.Payment{closed("a", 5, 5, 0)}, impl.OK)},
 		{"MergeEvents", func() string { return fmt.Sprint(impl.MergeEvents(mixedLog()[:7], mixedLog()[3:])) }, is(mixedLog(), impl.OK)},
 		{"CodeWord", func() string { return fmt.Sprint(impl.CodeWord(impl.ErrShort)) }, is("short")},
 		{"CodeOf", func() string { return fmt.Sprint(impl.CodeOf("short")) }, is(impl.ErrShort)},
 	}
 }
 
-// chainedAtOnce has several first calls side by side; it answers what all of them do, or each one.
-func chainedAtOnce() string {
-	said := make([]string, 8)
-	var wait sync.WaitGroup
-	for i := range said {
-		wait.Go(func() { said[i] = fmt.Sprint(impl.Chain(dayEvents())) })
+func payRunSaid(acts []impl.PayAct) func() string {
+	return func() string { return fmt.Sprint(impl.PayRun(acts)) }
+}
+
+func wordsSaid(acts []impl.PayAct) func() string {
+	return func() string {
+		codes, payments := payRunByWords(acts)
+		return fmt.Sprint(codes, payments, impl.OK)
 	}
-	wait.Wait()
-	if all := slices.Compact(slices.Clone(said)); len(all) == 1 {
-		return all[0]
+}
+
+// atOnce makes a call several times side by side; it answers what all of them do, or each one.
+func atOnce(call func() string) func() string {
+	return func() string {
+		said := make([]string, 8)
+		var wait sync.WaitGroup
+		for i := range said {
+			wait.Go(func() { said[i] = call() })
+		}
+		wait.Wait()
+		if all := slices.Compact(slices.Clone(said)); len(all) == 1 {
+			return all[0]
+		}
+		return strings.Join(said, "; ")
 	}
-	return strings.Join(said, "; ")
 }
 
 // Each of these calls is the first one of a process of its own, so that nothing was called ahead of it.

@@ -537,3 +537,22 @@ func TestP12AnActWithACodeChangesNothing(t *testing.T) {
 		}
 	}
 }
+
+// Each run begins anew, whatever was run ahead of it.
+func TestP12NoRunHangsOnOneAhead(t *testing.T) {
+	r := fixed()
+	runs := [][]impl.PayAct{nil, mixedPayActs(), payActs(authorised("n0", 5)), payActs(captured("n0", 5)), payActs(authorised("n0", 5), captured("n0", 5), refunded("n0", 5))}
+	for round := range 20 {
+		runs = append(runs, somePayActs(r, impl.MaxActs, someNames([]int{2, 8, 66}[round%3]), 8, payWeights()[round%4]...))
+	}
+	for _, ahead := range runs {
+		for _, acts := range runs {
+			impl.PayRun(ahead)
+			codes, got, code := impl.PayRun(acts)
+			wantCodes, want := payRunByWords(acts)
+			if code != impl.OK || !slices.Equal(codes, wantCodes) || !slices.Equal(got, want) {
+				t.Fatalf("PayRun(%v), behind that of %v: %v, %v, %d; want %v, %v", acts, ahead, codes, got, code, wantCodes, want)
+			}
+		}
+	}
+}
