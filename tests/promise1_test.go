@@ -329,6 +329,19 @@ func oddLogs() [][]impl.Event {
 	return lists
 }
 
+func oddFacings() [][]impl.Facing {
+	lists := append(rightFacings(), wrongFacings()...)
+	for _, n := range append(oddNumbers(), impl.MaxFacings, impl.MaxWidth, impl.MaxWidth+1, impl.MaxGain, impl.MaxGain+1) {
+		for _, f := range facingsOf(facing("a", n, 0, 9), facing("a", 3, n, alike(9, impl.MaxFacings)...), facing("a", 3, 0, n, 9), facing("a", 3, 1, 9, n), facing("a", n, n, n, n)) {
+			lists = append(lists, facingsOf(f), append(teaShelf(), f))
+		}
+	}
+	for _, text := range oddTexts() {
+		lists = append(lists, facingsOf(facing(text, 3, 1, 9)), append(teaShelf(), facing(text, 3, 1, 9)))
+	}
+	return lists
+}
+
 // labelRows are right, and have a step at each of the minutes 1, 2, 4, 5 and 9 in north.
 func labelRows() []impl.PriceRow {
 	return []impl.PriceRow{priceRow("milk", "", 1, 1, 9, 120), priceRow("milk", "north", 1, 2, 5, 130), priceRow("milk", "", 2, 4, 5, 99)}
@@ -654,6 +667,27 @@ func TestP1LogsOfAnyKindAreAnswered(t *testing.T) {
 	}
 }
 
+func TestP1ShelvesOfAnyKindAreAnswered(t *testing.T) {
+	widths := append(oddNumbers(), 44, 208, impl.MaxWidth, impl.MaxWidth+1)
+	for _, list := range oddFacings() {
+		impl.FacingsOK(list)
+		for _, width := range widths {
+			plan, code := impl.BestShelf(list, width)
+			mustBeZero(t, "BestShelf", code, samePlan(plan, impl.ShelfPlan{}))
+			plan, code = impl.ShelfOf(list, width, leastOf(list))
+			mustBeZero(t, "ShelfOf", code, samePlan(plan, impl.ShelfPlan{}))
+		}
+	}
+	for _, counts := range oddLists() {
+		for _, width := range widths {
+			for _, list := range [][]impl.Facing{nil, teaShelf(), teaShelf()[:2], manyFacings(impl.MaxShelf, 9, 2, 5, 0, 6)} {
+				plan, code := impl.ShelfOf(list, width, counts)
+				mustBeZero(t, "ShelfOf", code, samePlan(plan, impl.ShelfPlan{}))
+			}
+		}
+	}
+}
+
 func TestP1NoArgumentIsChanged(t *testing.T) {
 	for _, amount := range []int{1000, -10, 0, most, -most, most + 1} {
 		for _, list := range oddLists() {
@@ -876,6 +910,69 @@ func TestP1NoEventIsChanged(t *testing.T) {
 				t.Fatalf("events that were given are changed: %.300v, %.300v", one, two)
 			}
 		}
+	}
+}
+
+// withGainsBehind hands out facings whose Gains have a number behind their end.
+func withGainsBehind(list []impl.Facing) []impl.Facing {
+	given := slices.Clone(list)
+	for i, f := range given {
+		given[i].Gains = append(slices.Clone(f.Gains), 77)[:len(f.Gains)]
+	}
+	return given
+}
+
+func gainsBehind(list []impl.Facing) []int {
+	var numbers []int
+	for _, f := range list {
+		numbers = append(numbers, f.Gains[:len(f.Gains)+1]...)
+	}
+	return numbers
+}
+
+func TestP1NoFacingOrCountIsChanged(t *testing.T) {
+	for _, list := range oddFacings() {
+		given, before := withGainsBehind(append(slices.Clone(list), facing("behind", 7, 1, 8))), withGainsBehind(append(slices.Clone(list), facing("behind", 7, 1, 8)))
+		for _, counts := range [][]int{leastOf(list), fullOf(list), {1, 1, 0, 4}} {
+			countsGiven := append(slices.Clone(counts), 77)
+			countsBefore := slices.Clone(countsGiven)
+			impl.FacingsOK(given[:len(list)])
+			for _, width := range []int{0, 44, 300, impl.MaxWidth} {
+				impl.ShelfOf(given[:len(list)], width, countsGiven[:len(counts)])
+				impl.BestShelf(given[:len(list)], width)
+			}
+			if !slices.Equal(countsGiven, countsBefore) {
+				t.Fatalf("counts that were given are changed: %.300v", countsGiven)
+			}
+		}
+		if !reflect.DeepEqual(given, before) || !slices.Equal(gainsBehind(given), gainsBehind(before)) {
+			t.Fatalf("facings that were given are changed: %.300v", given)
+		}
+	}
+}
+
+func TestP1EachPlanIsNewMemory(t *testing.T) {
+	given, counts := teaShelf(), []int{2, 2, 0, 4}
+	want, _ := shelfByWords(teaShelf(), 130, []int{2, 2, 0, 4})
+	best, _ := bestByAllCounts(teaShelf(), 130)
+	for range 2 {
+		plan, code := impl.ShelfOf(given, 130, counts)
+		if code != impl.OK || !samePlan(plan, want) {
+			t.Fatal("an answer is kept", plan, code)
+		}
+		other, code := impl.BestShelf(given, 130)
+		if code != impl.OK || !samePlan(other, best) {
+			t.Fatal("an answer is kept", other, code)
+		}
+		for _, list := range [][]int{plan.Counts, other.Counts} {
+			all := list[:cap(list)]
+			for i := range all {
+				all[i] = -7
+			}
+		}
+	}
+	if !slices.Equal(counts, []int{2, 2, 0, 4}) || !reflect.DeepEqual(given, teaShelf()) {
+		t.Error("an answer shares memory", counts, given)
 	}
 }
 
@@ -1369,6 +1466,17 @@ func answers(backwards bool) []string {
 		calls = append(calls, func() string { return fmt.Sprint(impl.LedgerOf(list)) })
 		calls = append(calls, func() string { return fmt.Sprint(impl.Missed(list, 1)) })
 	}
+	for _, list := range oddFacings() {
+		calls = append(calls, func() string { return fmt.Sprint(impl.FacingsOK(list)) })
+		calls = append(calls, func() string { return fmt.Sprint(impl.ShelfOf(list, 100, leastOf(list))) })
+		calls = append(calls, func() string { return fmt.Sprint(impl.BestShelf(list, 100)) })
+	}
+	for _, counts := range oddLists() {
+		calls = append(calls, func() string { return fmt.Sprint(impl.ShelfOf(manyFacings(3, 9, 0, 5, 0, 6), 20, counts)) })
+	}
+	for width := range 210 {
+		calls = append(calls, func() string { return fmt.Sprint(impl.BestShelf(teaShelf(), width)) })
+	}
 	for _, rate := range oddRates() {
 		calls = append(calls, func() string { return fmt.Sprint(impl.RateOK(rate)) })
 		calls = append(calls, func() string { return fmt.Sprint(impl.Split(-1235, rate)) })
@@ -1628,6 +1736,29 @@ func TestP1NoEventsAndNilAreTheSame(t *testing.T) {
 		seqE, codeE := impl.Missed([]impl.Event{}, shop)
 		if seqN != seqE || codeN != codeE {
 			t.Errorf("Missed(%d): %d, %d of nil; %d, %d of none", shop, seqN, codeN, seqE, codeE)
+		}
+	}
+}
+
+func TestP1NoFacingsOrCountsAndNilAreTheSame(t *testing.T) {
+	if !impl.FacingsOK(nil) || !impl.FacingsOK([]impl.Facing{}) {
+		t.Error("no facings are right facings")
+	}
+	if impl.FacingsOK(facingsOf(impl.Facing{Name: "a", Width: 1})) || impl.FacingsOK(facingsOf(impl.Facing{Name: "a", Width: 1, Gains: []int{}})) {
+		t.Error("a facing without Gains is wrong")
+	}
+	for _, width := range append(oddNumbers(), impl.MaxWidth) {
+		planN, codeN := impl.BestShelf(nil, width)
+		planE, codeE := impl.BestShelf([]impl.Facing{}, width)
+		if !samePlan(planN, planE) || codeN != codeE {
+			t.Errorf("BestShelf(%d): %v, %d of nil; %v, %d of none", width, planN, codeN, planE, codeE)
+		}
+		for _, list := range [][]impl.Facing{nil, {}, teaShelf()} {
+			planN, codeN = impl.ShelfOf(list, width, nil)
+			planE, codeE = impl.ShelfOf(list, width, []int{})
+			if !samePlan(planN, planE) || codeN != codeE {
+				t.Errorf("ShelfOf(%d): %v, %d of nil; %v, %d of no counts", width, planN, codeN, planE, codeE)
+			}
 		}
 	}
 }
