@@ -39,6 +39,8 @@ func firstCalls() []firstCall {
 		{"PayRun of one that is open", payRunSaid(payActs(authorised("a", 5), refunded("a", 1))), is([]int{impl.OK, impl.ErrShort}, []impl.Payment{open("a", 5, 0, 0)}, impl.OK)},
 		{"PayRun of one that is closed", payRunSaid(payActs(authorised("a", 5), captured("a", 5), reversed("a"))), is([]int{impl.OK, impl.OK, impl.ErrState}, []impl.Payment{closed("a", 5, 5, 0)}, impl.OK)},
 		{"MergeEvents", func() string { return fmt.Sprint(impl.MergeEvents(mixedLog()[:7], mixedLog()[3:])) }, is(mixedLog(), impl.OK)},
+		{"StockRun", stockRunSaid(mixedStockActs()), stockWordsSaid(mixedStockActs())},
+		{"StockRun at once", atOnce(stockRunSaid(mixedStockActs())), stockWordsSaid(mixedStockActs())},
 		{"CodeWord", func() string { return fmt.Sprint(impl.CodeWord(impl.ErrShort)) }, is("short")},
 		{"CodeOf", func() string { return fmt.Sprint(impl.CodeOf("short")) }, is(impl.ErrShort)},
 	}
@@ -52,6 +54,17 @@ func wordsSaid(acts []impl.PayAct) func() string {
 	return func() string {
 		codes, payments := payRunByWords(acts)
 		return fmt.Sprint(codes, payments, impl.OK)
+	}
+}
+
+func stockRunSaid(acts []impl.StockAct) func() string {
+	return func() string { return fmt.Sprint(impl.StockRun(acts)) }
+}
+
+func stockWordsSaid(acts []impl.StockAct) func() string {
+	return func() string {
+		told, stock := stockRunByWords(acts)
+		return fmt.Sprint(told, stock, impl.OK)
 	}
 }
 

@@ -343,6 +343,28 @@ func oddFacings() [][]impl.Facing {
 }
 
 // labelRows are right, and have a step at each of the minutes 1, 2, 4, 5 and 9 in north.
+// mixedStockActs have each kind of act and of code; behind them there are MaxStock lots, some of them held, late, or sold in part.
+func mixedStockActs() []impl.StockAct {
+	full, _ := manyReceipts(impl.MaxStock)
+	return append(stockActs(
+		receipt("käse", 1, 10, 9), receipt("käse", 2, 10, 5), impl.StockAct{Kind: 9}, sale("käse", 12), receipt("käse", 3, 4, 6), receipt("käse", 3, 1, 6), receipt("9", 1, 1, 6), receipt("ham", 0, 1, 6), lotHeld("käse", 1), lotHeld("käse", 1), lotFreed("käse", 3), sale("käse", 5), stockDay(7), stockDay(6), sale("käse", 9), sale("käse", 13), sale("käse", 0), receipt("ham", 1, 8, 7), lotCounted("ham", 1, 9), lotCounted("ham", 1, 6), lotWasted("ham", 2), lotFreed("käse", 1), sale("käse", 2), lotHeld("käse", 1), receipt("rum", 1, 3, 70), lotWasted("rum", 1),
+	), full...)
+}
+
+func oddStockActs() [][]impl.StockAct {
+	full, _ := manyReceipts(impl.MaxStock + 1)
+	lists := [][]impl.StockAct{nil, {}, make([]impl.StockAct, 1), mixedStockActs(), mixedLots(), full, make([]impl.StockAct, impl.MaxActs), make([]impl.StockAct, impl.MaxActs+1), make([]impl.StockAct, impl.MaxList), make([]impl.StockAct, impl.MaxList+1)}
+	for _, n := range append(oddNumbers(), 6, 7, 8, impl.MaxMany, impl.MaxMany+1) {
+		for _, act := range stockActs(impl.StockAct{Kind: n, Article: "milk", Lot: 1, Num: 1, Until: 9}, impl.StockAct{Kind: n, Article: "milk", Lot: n, Num: n, Until: n}, receipt("milk", n, 1, 9), receipt("milk", 9, n, 9), receipt("milk", 9, 1, n), sale("milk", n), stockDay(n), lotHeld("milk", n), lotFreed("milk", n), lotWasted("milk", n), lotCounted("milk", n, 1), lotCounted("milk", 4, n)) {
+			lists = append(lists, slices.Concat(stockActs(act), mixedLots(), stockActs(act, sale("milk", 2), act, lotFreed("milk", 2), act, act)))
+		}
+	}
+	for _, text := range oddTexts() {
+		lists = append(lists, stockActs(receipt(text, 1, 5, 9), sale(text, 1), lotHeld(text, 1), sale(text, 1), lotFreed(text, 1), lotCounted(text, 1, 2), lotWasted(text, 1), impl.StockAct{Kind: impl.SkDay, Article: text, Num: 3}))
+	}
+	return lists
+}
+
 func labelRows() []impl.PriceRow {
 	return []impl.PriceRow{priceRow("milk", "", 1, 1, 9, 120), priceRow("milk", "north", 1, 2, 5, 130), priceRow("milk", "", 2, 4, 5, 99)}
 }
@@ -688,6 +710,22 @@ func TestP1ShelvesOfAnyKindAreAnswered(t *testing.T) {
 	}
 }
 
+func TestP1StockOfAnyKindIsAnswered(t *testing.T) {
+	for _, acts := range oddStockActs() {
+		told, stock, code := impl.StockRun(acts)
+		mustBeZero(t, "StockRun", code, len(told) == 0 && sameStock(stock, impl.Stock{}))
+		if code == impl.OK && len(told) != len(acts) {
+			t.Errorf("StockRun tells %d of %d acts", len(told), len(acts))
+		}
+		for _, o := range told {
+			mustBeZero(t, "an act of stock", o.Code, o.Num == 0)
+		}
+		if code == impl.OK {
+			wantStockKept(t, "odd", acts)
+		}
+	}
+}
+
 func TestP1NoArgumentIsChanged(t *testing.T) {
 	for _, amount := range []int{1000, -10, 0, most, -most, most + 1} {
 		for _, list := range oddLists() {
@@ -948,6 +986,41 @@ func TestP1NoFacingOrCountIsChanged(t *testing.T) {
 		if !reflect.DeepEqual(given, before) || !slices.Equal(gainsBehind(given), gainsBehind(before)) {
 			t.Fatalf("facings that were given are changed: %.300v", given)
 		}
+	}
+}
+
+func TestP1NoActOfStockIsChanged(t *testing.T) {
+	for _, acts := range oddStockActs() {
+		held := append(slices.Clone(acts), receipt("behind", 7, 8, 9))
+		before := slices.Clone(held)
+		impl.StockRun(held[:len(acts)])
+		if !slices.Equal(held, before) {
+			t.Fatalf("acts that were given are changed: %s", brief(held))
+		}
+	}
+}
+
+func TestP1EachAnswerOfStockIsNewMemory(t *testing.T) {
+	given := mixedStockActs()
+	wantTold, want := stockRunByWords(given)
+	if len(want.Lots) != impl.MaxStock {
+		t.Fatal("the acts leave other lots than they should", want)
+	}
+	for range 2 {
+		told, stock, code := impl.StockRun(given)
+		if code != impl.OK || !slices.Equal(told, wantTold) || !sameStock(stock, want) {
+			t.Fatal("an answer is kept", told, stock, code)
+		}
+		for i, lot := range stock.Lots {
+			if slices.ContainsFunc(given, func(act impl.StockAct) bool { return unsafe.StringData(act.Article) == unsafe.StringData(lot.Article) }) {
+				t.Error("StockRun hands out a text that it was given", i)
+			}
+		}
+		clear(told[:cap(told)])
+		clear(stock.Lots[:cap(stock.Lots)])
+	}
+	if !slices.Equal(given, mixedStockActs()) {
+		t.Error("an answer shares memory", given)
 	}
 }
 
@@ -1477,6 +1550,9 @@ func answers(backwards bool) []string {
 	for width := range 210 {
 		calls = append(calls, func() string { return fmt.Sprint(impl.BestShelf(teaShelf(), width)) })
 	}
+	for _, acts := range oddStockActs() {
+		calls = append(calls, func() string { return fmt.Sprint(impl.StockRun(acts)) })
+	}
 	for _, rate := range oddRates() {
 		calls = append(calls, func() string { return fmt.Sprint(impl.RateOK(rate)) })
 		calls = append(calls, func() string { return fmt.Sprint(impl.Split(-1235, rate)) })
@@ -1760,5 +1836,13 @@ func TestP1NoFacingsOrCountsAndNilAreTheSame(t *testing.T) {
 				t.Errorf("ShelfOf(%d): %v, %d of nil; %v, %d of no counts", width, planN, codeN, planE, codeE)
 			}
 		}
+	}
+}
+
+func TestP1NoActsOfStockAndNilAreTheSame(t *testing.T) {
+	toldN, stockN, codeN := impl.StockRun(nil)
+	toldE, stockE, codeE := impl.StockRun([]impl.StockAct{})
+	if len(toldN) != 0 || len(toldE) != 0 || !sameStock(stockN, stockE) || codeN != codeE {
+		t.Errorf("StockRun: %v, %+v, %d of nil; %v, %+v, %d of no acts", toldN, stockN, codeN, toldE, stockE, codeE)
 	}
 }
