@@ -41,6 +41,10 @@ func firstCalls() []firstCall {
 		{"MergeEvents", func() string { return fmt.Sprint(impl.MergeEvents(mixedLog()[:7], mixedLog()[3:])) }, is(mixedLog(), impl.OK)},
 		{"StockRun", stockRunSaid(mixedStockActs()), stockWordsSaid(mixedStockActs())},
 		{"StockRun at once", atOnce(stockRunSaid(mixedStockActs())), stockWordsSaid(mixedStockActs())},
+		{"MarkPrice", func() string { return fmt.Sprint(impl.MarkPrice(199, 30)) }, is(140, impl.OK)},
+		{"MarkOf", func() string { return fmt.Sprint(cakes().mark([]int{0, 1, 2, 2})) }, is(impl.MarkPlan{Steps: []int{0, 1, 2, 2}, Sold: []int{2, 1, 2, 6}, Revenue: 938, Left: 1}, impl.OK)},
+		{"BestMarks", bestMarksSaid(fullMarks(100)), marksSearchSaid(fullMarks(100))},
+		{"BestMarks at once", atOnce(bestMarksSaid(cakes())), marksSearchSaid(cakes())},
 		{"CodeWord", func() string { return fmt.Sprint(impl.CodeWord(impl.ErrShort)) }, is("short")},
 		{"CodeOf", func() string { return fmt.Sprint(impl.CodeOf("short")) }, is(impl.ErrShort)},
 	}
@@ -66,6 +70,14 @@ func stockWordsSaid(acts []impl.StockAct) func() string {
 		told, stock := stockRunByWords(acts)
 		return fmt.Sprint(told, stock, impl.OK)
 	}
+}
+
+func bestMarksSaid(m markdown) func() string {
+	return func() string { return fmt.Sprint(m.best()) }
+}
+
+func marksSearchSaid(m markdown) func() string {
+	return func() string { return fmt.Sprint(m.bestBySearch(), impl.OK) }
 }
 
 // atOnce makes a call several times side by side; it answers what all of them do, or each one.

@@ -342,7 +342,6 @@ func oddFacings() [][]impl.Facing {
 	return lists
 }
 
-// labelRows are right, and have a step at each of the minutes 1, 2, 4, 5 and 9 in north.
 // mixedStockActs have each kind of act and of code; behind them there are MaxStock lots, some of them held, late, or sold in part.
 func mixedStockActs() []impl.StockAct {
 	full, _ := manyReceipts(impl.MaxStock)
@@ -365,6 +364,26 @@ func oddStockActs() [][]impl.StockAct {
 	return lists
 }
 
+// oddMarks: each number of oddNumbers stands at each place where one can be handed in.
+func oddMarks() []markdown {
+	list := slices.Concat(rightMarks(), wrongMarks(), longMarks(), []markdown{{}, {percents: []int{}, demand: [][]int{}}, {percents: []int{0}, demand: [][]int{{}}}})
+	for _, n := range append(oddNumbers(), impl.MaxLeft, impl.MaxLeft+1, 101) {
+		for _, change := range []func(m *markdown){
+			func(m *markdown) { m.price = n },
+			func(m *markdown) { m.stock = n },
+			func(m *markdown) { m.percents[2] = n },
+			func(m *markdown) { m.percents = []int{n, n, n} },
+			func(m *markdown) { m.demand[1][1] = n },
+			func(m *markdown) { m.demand = sameDays(4, n, n, n) },
+			func(m *markdown) { *m = markdown{n, n, []int{n}, sameDays(1, n)} },
+		} {
+			list = append(list, cakes().with(change))
+		}
+	}
+	return list
+}
+
+// labelRows are right, and have a step at each of the minutes 1, 2, 4, 5 and 9 in north.
 func labelRows() []impl.PriceRow {
 	return []impl.PriceRow{priceRow("milk", "", 1, 1, 9, 120), priceRow("milk", "north", 1, 2, 5, 130), priceRow("milk", "", 2, 4, 5, 99)}
 }
@@ -726,6 +745,38 @@ func TestP1StockOfAnyKindIsAnswered(t *testing.T) {
 	}
 }
 
+func TestP1MarkdownsOfAnyKindAreAnswered(t *testing.T) {
+	for _, price := range oddNumbers() {
+		for _, percent := range append(oddNumbers(), 101) {
+			n, code := impl.MarkPrice(price, percent)
+			mustBeZero(t, "MarkPrice", code, n == 0)
+		}
+	}
+	for _, m := range oddMarks() {
+		plan, code := m.best()
+		mustBeZero(t, "BestMarks", code, sameMarks(plan, impl.MarkPlan{}))
+		if code == impl.OK && (len(plan.Steps) != len(m.demand) || len(plan.Sold) != len(m.demand)) {
+			t.Errorf("BestMarks tells %v of %d days", plan, len(m.demand))
+		}
+		for _, steps := range [][]int{nil, {0}, {0, 1, 1, 2}, {2, 1, 1, 0}, alike(0, min(len(m.demand), impl.MaxList)), alike(0, impl.MaxList+1)} {
+			plan, code = m.mark(steps)
+			mustBeZero(t, "MarkOf", code, sameMarks(plan, impl.MarkPlan{}))
+		}
+	}
+	for _, n := range oddNumbers() {
+		for place := range 4 {
+			steps := []int{0, 1, 1, 2}
+			steps[place] = n
+			plan, code := cakes().mark(steps)
+			mustBeZero(t, "MarkOf", code, sameMarks(plan, impl.MarkPlan{}))
+		}
+	}
+	for _, steps := range oddLists() {
+		plan, code := cakes().mark(steps)
+		mustBeZero(t, "MarkOf", code, sameMarks(plan, impl.MarkPlan{}))
+	}
+}
+
 func TestP1NoArgumentIsChanged(t *testing.T) {
 	for _, amount := range []int{1000, -10, 0, most, -most, most + 1} {
 		for _, list := range oddLists() {
@@ -997,6 +1048,75 @@ func TestP1NoActOfStockIsChanged(t *testing.T) {
 		if !slices.Equal(held, before) {
 			t.Fatalf("acts that were given are changed: %s", brief(held))
 		}
+	}
+}
+
+// withNumbersBehind hands out a copy of which each list has one more behind its end, and its days, too.
+func (m markdown) withNumbersBehind() markdown {
+	m = m.copied()
+	m.percents = append(m.percents, 77)[:len(m.percents)]
+	for day := range m.demand {
+		m.demand[day] = append(m.demand[day], 78)[:len(m.demand[day])]
+	}
+	m.demand = append(m.demand, []int{79})[:len(m.demand)]
+	return m
+}
+
+// numbersBehind are all numbers of the lists, with those behind their ends.
+func (m markdown) numbersBehind() []int {
+	numbers := slices.Clone(m.percents[:len(m.percents)+1])
+	for _, day := range m.demand {
+		numbers = append(numbers, day[:len(day)+1]...)
+	}
+	return append(numbers, m.demand[:len(m.demand)+1][len(m.demand)]...)
+}
+
+func TestP1NoPercentDemandOrStepIsChanged(t *testing.T) {
+	for _, m := range oddMarks() {
+		given := m.withNumbersBehind()
+		before := given.numbersBehind()
+		for _, steps := range [][]int{{0, 1, 1, 2}, {2, 1, 1, 0}, alike(0, min(len(m.demand), impl.MaxList))} {
+			stepsGiven := append(slices.Clone(steps), 80)
+			stepsBefore := slices.Clone(stepsGiven)
+			given.mark(stepsGiven[:len(steps)])
+			if !slices.Equal(stepsGiven, stepsBefore) {
+				t.Fatalf("steps that were given are changed: %v", stepsGiven)
+			}
+		}
+		given.best()
+		if len(given.demand) != len(m.demand) || !slices.Equal(given.numbersBehind(), before) {
+			t.Fatalf("percents or a demand that were given are changed: %v", given)
+		}
+	}
+}
+
+func TestP1EachPlanOfMarksIsNewMemory(t *testing.T) {
+	given, steps := cakes(), []int{0, 1, 1, 2}
+	want, _ := cakes().markByWords(steps)
+	best := cakes().bestBySearch()
+	for range 2 {
+		plan, code := given.mark(steps)
+		if code != impl.OK || !sameMarks(plan, want) {
+			t.Fatal("an answer is kept", plan, code)
+		}
+		other, code := given.best()
+		if code != impl.OK || !sameMarks(other, best) {
+			t.Fatal("an answer is kept", other, code)
+		}
+		lists := [][]int{plan.Steps, plan.Sold, other.Steps, other.Sold}
+		for number, list := range lists { // each is written over, behind its end too
+			for i := range list[:cap(list)] {
+				list[:cap(list)][i] = -1 - number
+			}
+		}
+		for number, list := range lists {
+			if slices.ContainsFunc(list[:cap(list)], func(n int) bool { return n != -1-number }) {
+				t.Error("two lists of a plan share memory", plan, other)
+			}
+		}
+	}
+	if !slices.Equal(steps, []int{0, 1, 1, 2}) || !reflect.DeepEqual(given, cakes()) {
+		t.Error("an answer shares memory", steps, given)
 	}
 }
 
@@ -1553,6 +1673,18 @@ func answers(backwards bool) []string {
 	for _, acts := range oddStockActs() {
 		calls = append(calls, func() string { return fmt.Sprint(impl.StockRun(acts)) })
 	}
+	for _, m := range oddMarks() {
+		calls = append(calls, func() string { return fmt.Sprint(m.mark([]int{0, 1, 1, 2})) })
+		calls = append(calls, func() string { return fmt.Sprint(m.best()) })
+	}
+	for stock := range 60 {
+		calls = append(calls, func() string { return fmt.Sprint(impl.BestMarks(199, stock, cakes().percents, cakes().demand)) })
+		calls = append(calls, func() string { return fmt.Sprint(fullMarks(stock).best()) })
+	}
+	for _, n := range oddNumbers() {
+		calls = append(calls, func() string { return fmt.Sprint(impl.MarkPrice(n, 33)) })
+		calls = append(calls, func() string { return fmt.Sprint(impl.MarkPrice(999, n)) })
+	}
 	for _, rate := range oddRates() {
 		calls = append(calls, func() string { return fmt.Sprint(impl.RateOK(rate)) })
 		calls = append(calls, func() string { return fmt.Sprint(impl.Split(-1235, rate)) })
@@ -1845,4 +1977,25 @@ func TestP1NoActsOfStockAndNilAreTheSame(t *testing.T) {
 	if len(toldN) != 0 || len(toldE) != 0 || !sameStock(stockN, stockE) || codeN != codeE {
 		t.Errorf("StockRun: %v, %+v, %d of nil; %v, %+v, %d of no acts", toldN, stockN, codeN, toldE, stockE, codeE)
 	}
+}
+
+func TestP1NoPercentsDaysOrStepsAndNilAreTheSame(t *testing.T) {
+	for _, m := range []markdown{cakes(), {}, {price: 5, stock: 5}} {
+		for _, change := range [][2]func(m *markdown){
+			{func(m *markdown) { m.percents = nil }, func(m *markdown) { m.percents = []int{} }},
+			{func(m *markdown) { m.demand = nil }, func(m *markdown) { m.demand = [][]int{} }},
+			{func(m *markdown) { m.demand = make([][]int, 2) }, func(m *markdown) { m.demand = [][]int{{}, {}} }},
+			{func(m *markdown) { m.percents, m.demand = nil, make([][]int, 2) }, func(m *markdown) { m.percents, m.demand = []int{}, [][]int{{}, {}} }},
+		} {
+			of, empty := m.with(change[0]), m.with(change[1])
+			wantNoBest(t, "nil", of, impl.ErrBad)
+			wantNoBest(t, "an empty list", empty, impl.ErrBad)
+			for _, steps := range [][]int{nil, {}, {0, 0}} {
+				wantNoMarks(t, "nil", of, steps, impl.ErrBad)
+				wantNoMarks(t, "an empty list", empty, steps, impl.ErrBad)
+			}
+		}
+	}
+	wantNoMarks(t, "nil", cakes(), nil, impl.ErrForm)
+	wantNoMarks(t, "no steps", cakes(), []int{}, impl.ErrForm)
 }
