@@ -45,6 +45,10 @@ func firstCalls() []firstCall {
 		{"MarkOf", func() string { return fmt.Sprint(cakes().mark([]int{0, 1, 2, 2})) }, is(impl.MarkPlan{Steps: []int{0, 1, 2, 2}, Sold: []int{2, 1, 2, 6}, Revenue: 938, Left: 1}, impl.OK)},
 		{"BestMarks", bestMarksSaid(fullMarks(100)), marksSearchSaid(fullMarks(100))},
 		{"BestMarks at once", atOnce(bestMarksSaid(cakes())), marksSearchSaid(cakes())},
+		{"Smooth", func() string { return fmt.Sprint(impl.Smooth([]int{1, 0, 2}, 1, 3)) }, is([]int{64, 42, 70}, impl.OK)},
+		{"Seasons", func() string { return fmt.Sprint(impl.Seasons([]int{1, 0, 3, 0}, 2)) }, is(ratiosOf([2]int{2, 1}, [2]int{0, 1}), impl.OK)},
+		{"Odds", func() string { return fmt.Sprint(impl.Odds([]int{1, 2, 1}, 2)) }, is([]int{1, 4, 6, 4, 1}, impl.OK)},
+		{"SafeLevel", func() string { return fmt.Sprint(impl.SafeLevel([]int{1, 2, 1}, 2, 12, 16)) }, is(3, impl.OK)},
 		{"CodeWord", func() string { return fmt.Sprint(impl.CodeWord(impl.ErrShort)) }, is("short")},
 		{"CodeOf", func() string { return fmt.Sprint(impl.CodeOf("short")) }, is(impl.ErrShort)},
 	}

@@ -383,6 +383,31 @@ func oddMarks() []markdown {
 	return list
 }
 
+// forecast is all that a call of chapter 17 can be asked: sales or a table, a season's length or days, and parts.
+type forecast struct {
+	list        []int
+	n, num, den int
+}
+
+// weekSales are right, with a season of 7 places, a last one that is not whole, and noughts.
+func weekSales() forecast {
+	return forecast{list: []int{4, 7, 0, 9, 20, 31, 0, 6, 6, 0, 8, 24, 29, 0, 5, 9}, n: 7, num: 2, den: 5}
+}
+
+// oddForecasts: each number of oddNumbers stands at each place where one can be handed in.
+func oddForecasts() []forecast {
+	var list []forecast
+	for _, numbers := range slices.Concat(oddLists(), rightTables(), wrongTables(), longTables(), [][]int{weekSales().list, alike(impl.MaxMany, impl.MaxList)}) {
+		list = append(list, forecast{numbers, 1, 1, 2}, forecast{numbers, 2, 2, 2}, forecast{numbers, 5, 0, 1}, forecast{numbers, 0, 0, 0})
+	}
+	for _, n := range append(oddNumbers(), impl.MaxMany, impl.MaxMany+1, impl.MaxPhase+1, impl.MaxOdds, impl.MaxOdds+1, impl.MaxAhead+1) {
+		for _, table := range [][]int{{1, 2, 1}, {n}, {1, n, 1}, weekSales().list} {
+			list = append(list, forecast{table, n, 1, 2}, forecast{table, 2, n, 1000}, forecast{table, 2, 1, n}, forecast{table, 2, n, n}, forecast{table, n, n, n})
+		}
+	}
+	return list
+}
+
 // labelRows are right, and have a step at each of the minutes 1, 2, 4, 5 and 9 in north.
 func labelRows() []impl.PriceRow {
 	return []impl.PriceRow{priceRow("milk", "", 1, 1, 9, 120), priceRow("milk", "north", 1, 2, 5, 130), priceRow("milk", "", 2, 4, 5, 99)}
@@ -777,6 +802,28 @@ func TestP1MarkdownsOfAnyKindAreAnswered(t *testing.T) {
 	}
 }
 
+func TestP1ForecastsOfAnyKindAreAnswered(t *testing.T) {
+	for _, f := range oddForecasts() {
+		levels, code := impl.Smooth(f.list, f.num, f.den)
+		mustBeZero(t, "Smooth", code, len(levels) == 0)
+		if code == impl.OK && len(levels) != len(f.list) {
+			t.Errorf("Smooth tells %d levels of %d sales", len(levels), len(f.list))
+		}
+		ratios, code := impl.Seasons(f.list, f.n)
+		mustBeZero(t, "Seasons", code, len(ratios) == 0)
+		if code == impl.OK && len(ratios) != f.n {
+			t.Errorf("Seasons tells %d ratios of %d", len(ratios), f.n)
+		}
+		odds, code := impl.Odds(f.list, f.n)
+		mustBeZero(t, "Odds", code, len(odds) == 0)
+		if code == impl.OK && len(odds) != f.n*(len(f.list)-1)+1 {
+			t.Errorf("Odds tells %d numbers of a table of %d and %d days", len(odds), len(f.list), f.n)
+		}
+		units, code := impl.SafeLevel(f.list, f.n, f.num, f.den)
+		mustBeZero(t, "SafeLevel", code, units == 0)
+	}
+}
+
 func TestP1NoArgumentIsChanged(t *testing.T) {
 	for _, amount := range []int{1000, -10, 0, most, -most, most + 1} {
 		for _, list := range oddLists() {
@@ -1086,6 +1133,61 @@ func TestP1NoPercentDemandOrStepIsChanged(t *testing.T) {
 		given.best()
 		if len(given.demand) != len(m.demand) || !slices.Equal(given.numbersBehind(), before) {
 			t.Fatalf("percents or a demand that were given are changed: %v", given)
+		}
+	}
+}
+
+func TestP1NoSalesOrTableIsChanged(t *testing.T) {
+	for _, f := range oddForecasts() {
+		held := append(slices.Clone(f.list), 77, 78, 79) // what stands behind the end of the argument
+		before := slices.Clone(held)
+		given := held[:len(f.list)]
+		impl.Smooth(given, f.num, f.den)
+		impl.Seasons(given, f.n)
+		impl.Odds(given, f.n)
+		impl.SafeLevel(given, f.n, f.num, f.den)
+		if !slices.Equal(held, before) {
+			t.Fatalf("sales or a table that were given are changed: %.200s", fmt.Sprint(held))
+		}
+	}
+}
+
+// wantNewMemory writes over an answer's list, behind its end too; what was given must stay, and the next answer be as it was.
+func wantNewMemory[T comparable](t *testing.T, what string, given []int, call func() ([]T, int), over T) {
+	t.Helper()
+	before := slices.Clone(given)
+	first, code := call()
+	want := slices.Clone(first)
+	other, _ := call()
+	if code != impl.OK || len(first) == 0 {
+		t.Fatal(what, "tells nothing", code)
+	}
+	for i := range first[:cap(first)] {
+		first[:cap(first)][i] = over
+	}
+	if !slices.Equal(given, before) {
+		t.Errorf("%s: an answer shares memory with what was given: %v", what, given)
+	}
+	if !slices.Equal(other, want) {
+		t.Errorf("%s: two answers share memory: %v", what, other)
+	}
+	if again, _ := call(); !slices.Equal(again, want) {
+		t.Errorf("%s: an answer is kept: %v", what, again)
+	}
+}
+
+func TestP1EachForecastIsNewMemory(t *testing.T) {
+	f, table := weekSales(), []int{3, 1, 4, 1, 5}
+	for _, count := range []int{1, len(f.list)} {
+		sales := f.list[:count]
+		for _, num := range []int{0, f.num, f.den} {
+			wantNewMemory(t, "Smooth", f.list, func() ([]int, int) { return impl.Smooth(sales, num, f.den) }, -1)
+		}
+		wantNewMemory(t, "Seasons", f.list, func() ([]impl.Ratio, int) { return impl.Seasons(sales, min(f.n, count)) }, impl.Ratio{N: -1, D: -2})
+	}
+	for days := 1; days <= impl.MaxAhead; days++ {
+		for count := 1; count <= len(table); count++ {
+			wantNewMemory(t, "Odds", table, func() ([]int, int) { return impl.Odds(table[:count], days) }, -1)
 		}
 	}
 }
@@ -1685,6 +1787,12 @@ func answers(backwards bool) []string {
 		calls = append(calls, func() string { return fmt.Sprint(impl.MarkPrice(n, 33)) })
 		calls = append(calls, func() string { return fmt.Sprint(impl.MarkPrice(999, n)) })
 	}
+	for _, f := range oddForecasts() {
+		calls = append(calls, func() string { return fmt.Sprint(impl.Smooth(f.list, f.num, f.den)) })
+		calls = append(calls, func() string { return fmt.Sprint(impl.Seasons(f.list, f.n)) })
+		calls = append(calls, func() string { return fmt.Sprint(impl.Odds(f.list, f.n)) })
+		calls = append(calls, func() string { return fmt.Sprint(impl.SafeLevel(f.list, f.n, f.num, f.den)) })
+	}
 	for _, rate := range oddRates() {
 		calls = append(calls, func() string { return fmt.Sprint(impl.RateOK(rate)) })
 		calls = append(calls, func() string { return fmt.Sprint(impl.Split(-1235, rate)) })
@@ -1998,4 +2106,19 @@ func TestP1NoPercentsDaysOrStepsAndNilAreTheSame(t *testing.T) {
 	}
 	wantNoMarks(t, "nil", cakes(), nil, impl.ErrForm)
 	wantNoMarks(t, "no steps", cakes(), []int{}, impl.ErrForm)
+}
+
+func TestP1NoSalesOrTableAndNilAreTheSame(t *testing.T) {
+	for _, n := range append(oddNumbers(), impl.MaxPhase+1, impl.MaxAhead+1) {
+		for _, den := range []int{0, 1, n, 1000} {
+			wantSmoothByWords(t, nil, n, den)
+			wantSmoothByWords(t, []int{}, n, den)
+			wantNotSafe(t, nil, n, 1, den, impl.ErrBad)
+			wantNotSafe(t, []int{}, n, 1, den, impl.ErrBad)
+		}
+		wantSeasonsByWords(t, nil, n)
+		wantSeasonsByWords(t, []int{}, n)
+		wantCases(t, nil, n, nil, impl.ErrBad)
+		wantCases(t, []int{}, n, nil, impl.ErrBad)
+	}
 }
