@@ -49,6 +49,10 @@ func firstCalls() []firstCall {
 		{"Seasons", func() string { return fmt.Sprint(impl.Seasons([]int{1, 0, 3, 0}, 2)) }, is(ratiosOf([2]int{2, 1}, [2]int{0, 1}), impl.OK)},
 		{"Odds", func() string { return fmt.Sprint(impl.Odds([]int{1, 2, 1}, 2)) }, is([]int{1, 4, 6, 4, 1}, impl.OK)},
 		{"SafeLevel", func() string { return fmt.Sprint(impl.SafeLevel([]int{1, 2, 1}, 2, 12, 16)) }, is(3, impl.OK)},
+		{"OrderFor", func() string { return fmt.Sprint(impl.OrderFor(needOf(50, 20, 5, 6, 10, 40))) }, is(12, true, impl.OK)},
+		{"FillTrucks", func() string { return fmt.Sprint(impl.FillTrucks(teaLoads(), 10)) }, is([]int{6, 12, 2}, 2, impl.OK)},
+		{"NextDay", func() string { return fmt.Sprint(impl.NextDay(weekOf(0, 3), []int{3, 7}, 1)) }, is(10, impl.OK)},
+		{"DeliveryDays", func() string { return fmt.Sprint(impl.DeliveryDays(weekOf(0, 3), []int{7}, 0, 15)) }, is([]int{0, 3, 10, 14}, impl.OK)},
 		{"CodeWord", func() string { return fmt.Sprint(impl.CodeWord(impl.ErrShort)) }, is("short")},
 		{"CodeOf", func() string { return fmt.Sprint(impl.CodeOf("short")) }, is(impl.ErrShort)},
 	}

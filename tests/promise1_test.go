@@ -408,6 +408,47 @@ func oddForecasts() []forecast {
 	return list
 }
 
+func oddNeeds() []impl.Need {
+	list := []impl.Need{{}, milkNeed(), needOf(50, 20, 5, 6, 10, 40), needOf(50, 20, 5, 6, 13, 40), needOf(25, 20, 5, 6, 10, 0), needOf(1, 0, 0, 1, 0, 1)}
+	for _, n := range append(oddNumbers(), impl.MaxMany-1, impl.MaxMany, impl.MaxMany+1) {
+		for place := range needNumbers(&impl.Need{}) {
+			need, many := milkNeed(), needOf(n, n, n, n, n, n)
+			*needNumbers(&need)[place] = n
+			*needNumbers(&many)[place] = 5
+			list = append(list, need, many)
+		}
+		list = append(list, needOf(n, n, n, n, n, n))
+	}
+	return list
+}
+
+func oddLoads() [][]impl.Load {
+	lists := [][]impl.Load{nil, {}, teaLoads(), loadsAlike(0, 5, 3), loadsAlike(1, 2, impl.MaxLoads), loadsAlike(1, 2, impl.MaxLoads+1), loadsAlike(impl.MaxPallets, impl.MaxPallets, impl.MaxLoads), loadsAlike(1, 1, impl.MaxList), loadsAlike(1, 1, impl.MaxList+1), loadsAlike(math.MinInt, math.MaxInt, impl.MaxList+1)}
+	for _, n := range append(oddNumbers(), impl.MaxLoads) {
+		lists = append(lists, loadsOf([2]int{n, 1}), loadsOf([2]int{1, n}), loadsOf([2]int{n, n}), append(teaLoads(), impl.Load{Pallets: n}, impl.Load{Pallets: 1, Extra: n}), loadsAlike(n, n, impl.MaxLoads))
+	}
+	return lists
+}
+
+func oddWeeks() [][]bool { return slices.Concat(rightWeeks(), wrongWeeks(), longWeeks()) }
+
+func oddHolidays() [][]int {
+	lists := slices.Concat(rightHolidays(), wrongHolidays(), longHolidays(), oddLists())
+	for _, n := range append(oddNumbers(), impl.MaxDay-1, impl.MaxDay, impl.MaxDay+1) {
+		lists = append(lists, []int{n}, []int{3, n}, []int{n, 50000}, []int{n, n})
+	}
+	return lists
+}
+
+// oddStretches are pairs of days, those that are right among them.
+func oddStretches() [][2]int {
+	list := append(stretchesOutOfRange(), [2]int{0, 0}, [2]int{0, 30}, [2]int{3, 403}, [2]int{impl.MaxDay - 400, impl.MaxDay})
+	for _, n := range append(oddNumbers(), impl.MaxDay-1, impl.MaxDay, impl.MaxDay+1) {
+		list = append(list, [2]int{n, 30}, [2]int{0, n}, [2]int{n, n}, [2]int{n, impl.MaxDay})
+	}
+	return list
+}
+
 // labelRows are right, and have a step at each of the minutes 1, 2, 4, 5 and 9 in north.
 func labelRows() []impl.PriceRow {
 	return []impl.PriceRow{priceRow("milk", "", 1, 1, 9, 120), priceRow("milk", "north", 1, 2, 5, 130), priceRow("milk", "", 2, 4, 5, 99)}
@@ -824,6 +865,44 @@ func TestP1ForecastsOfAnyKindAreAnswered(t *testing.T) {
 	}
 }
 
+func TestP1OrdersOfAnyKindAreAnswered(t *testing.T) {
+	for _, n := range oddNeeds() {
+		units, cut, code := impl.OrderFor(n)
+		mustBeZero(t, "OrderFor", code, units == 0 && !cut)
+		if right := impl.NeedOK(n); right != (code != impl.ErrBad) {
+			t.Errorf("NeedOK(%+v) = %v; OrderFor's code is %d", n, right, code)
+		}
+	}
+	for _, loads := range oddLoads() {
+		for _, truck := range oddNumbers() {
+			pallets, trucks, code := impl.FillTrucks(loads, truck)
+			mustBeZero(t, "FillTrucks", code, len(pallets) == 0 && trucks == 0)
+			if code == impl.OK && len(pallets) != len(loads) {
+				t.Errorf("FillTrucks tells %d numbers of %d loads", len(pallets), len(loads))
+			}
+		}
+	}
+}
+
+func TestP1CalendarsOfAnyKindAreAnswered(t *testing.T) {
+	for _, week := range oddWeeks() {
+		for _, holidays := range oddHolidays() {
+			for _, n := range append(oddNumbers(), impl.MaxDay, impl.MaxDay+1) {
+				day, code := impl.NextDay(week, holidays, n)
+				mustBeZero(t, "NextDay", code, day == 0)
+			}
+			for _, c := range [][2]int{{0, 30}, {30, 0}, {math.MinInt, math.MaxInt}, {0, math.MaxInt}, {0, 401}, {impl.MaxDay - 400, impl.MaxDay}} {
+				days, code := impl.DeliveryDays(week, holidays, c[0], c[1])
+				mustBeZero(t, "DeliveryDays", code, len(days) == 0)
+			}
+		}
+	}
+	for _, c := range oddStretches() {
+		days, code := impl.DeliveryDays(allWeek(), []int{3, 7}, c[0], c[1])
+		mustBeZero(t, "DeliveryDays", code, len(days) == 0)
+	}
+}
+
 func TestP1NoArgumentIsChanged(t *testing.T) {
 	for _, amount := range []int{1000, -10, 0, most, -most, most + 1} {
 		for _, list := range oddLists() {
@@ -1152,6 +1231,36 @@ func TestP1NoSalesOrTableIsChanged(t *testing.T) {
 	}
 }
 
+func TestP1NoLoadIsChanged(t *testing.T) {
+	for _, loads := range oddLoads() {
+		held := append(slices.Clone(loads), loadsAlike(77, 78, 3)...) // what stands behind the end of the argument
+		before := slices.Clone(held)
+		for _, truck := range []int{0, 1, 7, 10, impl.MaxTruck} {
+			impl.FillTrucks(held[:len(loads)], truck)
+		}
+		if !slices.Equal(held, before) {
+			t.Fatalf("loads that were given are changed: %.200s", fmt.Sprint(held))
+		}
+	}
+}
+
+func TestP1NoWeekOrHolidayIsChanged(t *testing.T) {
+	for _, week := range oddWeeks() {
+		for _, holidays := range oddHolidays() {
+			heldWeek := append(slices.Clone(week), true, false, true) // what stands behind the end of the argument
+			heldDays := append(slices.Clone(holidays), 77, 78, 79)
+			beforeWeek, beforeDays := slices.Clone(heldWeek), slices.Clone(heldDays)
+			for _, day := range []int{-1, 0, 5} {
+				impl.NextDay(heldWeek[:len(week)], heldDays[:len(holidays)], day)
+				impl.DeliveryDays(heldWeek[:len(week)], heldDays[:len(holidays)], day, 90)
+			}
+			if !slices.Equal(heldWeek, beforeWeek) || !slices.Equal(heldDays, beforeDays) {
+				t.Fatalf("a week or holidays that were given are changed: %.200s, %.200s", fmt.Sprint(heldWeek), fmt.Sprint(heldDays))
+			}
+		}
+	}
+}
+
 // wantNewMemory writes over an answer's list, behind its end too; what was given must stay, and the next answer be as it was.
 func wantNewMemory[T comparable](t *testing.T, what string, given []int, call func() ([]T, int), over T) {
 	t.Helper()
@@ -1188,6 +1297,29 @@ func TestP1EachForecastIsNewMemory(t *testing.T) {
 	for days := 1; days <= impl.MaxAhead; days++ {
 		for count := 1; count <= len(table); count++ {
 			wantNewMemory(t, "Odds", table, func() ([]int, int) { return impl.Odds(table[:count], days) }, -1)
+		}
+	}
+}
+
+func TestP1EachListOfOrdersIsNewMemory(t *testing.T) {
+	loads := teaLoads()
+	for _, truck := range []int{1, 10, 12, impl.MaxTruck} {
+		for count := 1; count <= len(loads); count++ {
+			wantNewMemory(t, "FillTrucks", nil, func() ([]int, int) {
+				pallets, _, code := impl.FillTrucks(loads[:count], truck)
+				return pallets, code
+			}, -1)
+		}
+	}
+	if !slices.Equal(loads, teaLoads()) {
+		t.Error("FillTrucks: an answer shares memory with what was given", loads)
+	}
+	holidays := []int{1, 4, 8, 9, 20, 60}
+	for _, week := range [][]bool{allWeek(), weekOf(0, 3)} {
+		for count := range holidays {
+			for _, to := range []int{4, 8, 30, 400} {
+				wantNewMemory(t, "DeliveryDays", holidays, func() ([]int, int) { return impl.DeliveryDays(week, holidays[:count], 0, to) }, -1)
+			}
 		}
 	}
 }
@@ -1793,6 +1925,27 @@ func answers(backwards bool) []string {
 		calls = append(calls, func() string { return fmt.Sprint(impl.Odds(f.list, f.n)) })
 		calls = append(calls, func() string { return fmt.Sprint(impl.SafeLevel(f.list, f.n, f.num, f.den)) })
 	}
+	for _, n := range oddNeeds() {
+		calls = append(calls, func() string { return fmt.Sprint(impl.NeedOK(n)) })
+		calls = append(calls, func() string { return fmt.Sprint(impl.OrderFor(n)) })
+	}
+	for _, loads := range oddLoads() {
+		for _, truck := range []int{0, 1, 10, impl.MaxTruck} {
+			calls = append(calls, func() string { return fmt.Sprint(impl.FillTrucks(loads, truck)) })
+		}
+	}
+	for _, holidays := range oddHolidays() {
+		calls = append(calls, func() string { return fmt.Sprint(impl.NextDay(weekOf(0, 3), holidays, 5)) })
+		calls = append(calls, func() string { return fmt.Sprint(impl.DeliveryDays(weekOf(0, 3), holidays, 5, 405)) })
+	}
+	for _, week := range oddWeeks() {
+		calls = append(calls, func() string { return fmt.Sprint(impl.NextDay(week, []int{3, 7}, 3)) })
+		calls = append(calls, func() string { return fmt.Sprint(impl.DeliveryDays(week, []int{3, 7}, 0, 30)) })
+	}
+	for _, c := range oddStretches() {
+		calls = append(calls, func() string { return fmt.Sprint(impl.NextDay(weekOf(0, 3), []int{3, 7}, c[0])) })
+		calls = append(calls, func() string { return fmt.Sprint(impl.DeliveryDays(weekOf(0, 3), []int{3, 7}, c[0], c[1])) })
+	}
 	for _, rate := range oddRates() {
 		calls = append(calls, func() string { return fmt.Sprint(impl.RateOK(rate)) })
 		calls = append(calls, func() string { return fmt.Sprint(impl.Split(-1235, rate)) })
@@ -2120,5 +2273,24 @@ func TestP1NoSalesOrTableAndNilAreTheSame(t *testing.T) {
 		wantSeasonsByWords(t, []int{}, n)
 		wantCases(t, nil, n, nil, impl.ErrBad)
 		wantCases(t, []int{}, n, nil, impl.ErrBad)
+	}
+}
+
+func TestP1NoLoadsWeekOrHolidaysAndNilAreTheSame(t *testing.T) {
+	for _, truck := range append(oddNumbers(), impl.MaxTruck) {
+		wantTrucksByWords(t, nil, truck)
+		wantTrucksByWords(t, []impl.Load{}, truck)
+	}
+	for _, n := range append(oddNumbers(), impl.MaxDay, impl.MaxDay+1) {
+		for _, week := range slices.Concat(rightWeeks(), wrongWeeks()) {
+			wantNextByWords(t, week, nil, n)
+			wantNextByWords(t, week, []int{}, n)
+			wantDeliveriesByWords(t, week, nil, n, 400)
+			wantDeliveriesByWords(t, week, []int{}, n, 400)
+		}
+		for _, week := range [][]bool{nil, {}} {
+			wantNoNext(t, week, []int{3}, n, impl.ErrBad)
+			wantNoDeliveries(t, week, []int{3}, 0, n, impl.ErrBad)
+		}
 	}
 }
