@@ -53,6 +53,11 @@ func firstCalls() []firstCall {
 		{"FillTrucks", func() string { return fmt.Sprint(impl.FillTrucks(teaLoads(), 10)) }, is([]int{6, 12, 2}, 2, impl.OK)},
 		{"NextDay", func() string { return fmt.Sprint(impl.NextDay(weekOf(0, 3), []int{3, 7}, 1)) }, is(10, impl.OK)},
 		{"DeliveryDays", func() string { return fmt.Sprint(impl.DeliveryDays(weekOf(0, 3), []int{7}, 0, 15)) }, is([]int{0, 3, 10, 14}, impl.OK)},
+		{"SegmentsText", func() string { return fmt.Sprint(impl.SegmentsText(supplierSegments())) }, is(supplierText(), impl.OK)},
+		{"ReadSegments", func() string { return fmt.Sprint(impl.ReadSegments(supplierText())) }, is(supplierSegments(), impl.OK, 0)},
+		{"ReadSegments of a text that is none", func() string { return fmt.Sprint(impl.ReadSegments("ABC+?x'")) }, is([]impl.Segment{}, impl.ErrSyntax, 5)},
+		{"ThreeWay", func() string { return fmt.Sprint(nordPapers().match()) }, is(nordVerdicts(), impl.OK)},
+		{"BonusOf", func() string { return fmt.Sprint(impl.BonusOf(yearRungs(), 1034)) }, is(31, impl.OK)},
 		{"CodeWord", func() string { return fmt.Sprint(impl.CodeWord(impl.ErrShort)) }, is("short")},
 		{"CodeOf", func() string { return fmt.Sprint(impl.CodeOf("short")) }, is(impl.ErrShort)},
 	}

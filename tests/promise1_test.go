@@ -449,6 +449,50 @@ func oddStretches() [][2]int {
 	return list
 }
 
+func oddSegments() [][]impl.Segment {
+	lists := slices.Concat(rightSegmentLists(), wrongSegmentLists(), overSegmentLists(), longSegmentLists())
+	for _, text := range oddTexts() {
+		lists = append(lists, segmentsOf(segment(text, "a")), segmentsOf(segment("ABC", text)), segmentsOf(segment("ABC", "a", text, ""), segment(text, text)))
+	}
+	return lists
+}
+
+func oddSegmentTexts() []string {
+	texts := append(oddTexts(), supplierText(), strings.Repeat("ABC'", impl.MaxText/4), strings.Repeat("ABC'", impl.MaxText/4)+"A", "ABC+"+strings.Repeat("?+", impl.MaxText/2-4), "ABC"+strings.Repeat("+", impl.MaxText-3), strings.Repeat("?", impl.MaxText))
+	for _, list := range slices.Concat(rightSegmentLists(), overSegmentLists()) {
+		texts = append(texts, wholeTextByWords(list))
+	}
+	for _, s := range wrongSegments() {
+		texts = append(texts, wholeTextByWords(segmentsOf(s)))
+	}
+	for _, fault := range segmentTextsWithFaults() {
+		texts = append(texts, fault.text)
+	}
+	return texts
+}
+
+func oddDocs() [][]impl.DocLine {
+	lists := slices.Concat(rightDocs(), wrongDocs(), longDocs())
+	for _, n := range append(oddNumbers(), impl.MaxMany-1, impl.MaxMany, impl.MaxMany+1) {
+		lists = append(lists, docsOf(docLine("tea", n, 1)), docsOf(docLine("tea", 1, n)), docsOf(docLine("tea", n, n)))
+	}
+	for _, text := range oddTexts() {
+		lists = append(lists, docsOf(docLine(text, 1, 1)), docsOf(docLine("tea", 1, 1), docLine(text, 1, 1)))
+	}
+	return lists
+}
+
+func oddRungs() [][]impl.Rung {
+	lists := slices.Concat(rightRungs(), wrongRungs(), longRungs())
+	for _, n := range oddNumbers() {
+		lists = append(lists, rungsOf(rung(n, 1, 2)), rungsOf(rung(0, n, 10000)), rungsOf(rung(0, 1, n)), rungsOf(rung(0, n, n)), rungsOf(rung(50, 1, 3), rung(n, n, n)))
+	}
+	for _, r := range oddRates() {
+		lists = append(lists, rungsOf(impl.Rung{From: 5, Rate: r}))
+	}
+	return lists
+}
+
 // labelRows are right, and have a step at each of the minutes 1, 2, 4, 5 and 9 in north.
 func labelRows() []impl.PriceRow {
 	return []impl.PriceRow{priceRow("milk", "", 1, 1, 9, 120), priceRow("milk", "north", 1, 2, 5, 130), priceRow("milk", "", 2, 4, 5, 99)}
@@ -903,6 +947,37 @@ func TestP1CalendarsOfAnyKindAreAnswered(t *testing.T) {
 	}
 }
 
+func TestP1SegmentsOfAnyKindAreAnswered(t *testing.T) {
+	for _, list := range oddSegments() {
+		text, code := impl.SegmentsText(list)
+		mustBeZero(t, "SegmentsText", code, text == "")
+	}
+	for _, text := range oddSegmentTexts() {
+		list, code, place := impl.ReadSegments(text)
+		mustBeZero(t, "ReadSegments", code, len(list) == 0)
+		if place < 0 || place > len(text) || place != 0 && (code == impl.OK || code == impl.ErrLong) {
+			t.Errorf("ReadSegments(%.200q): code %d at %d", text, code, place)
+		}
+	}
+}
+
+func TestP1DocumentsOfAnyKindAreAnswered(t *testing.T) {
+	for _, list := range oddDocs() {
+		for _, other := range [][]impl.DocLine{nil, nordPapers()[0], list} {
+			for _, p := range []papers{{list, other, nordPapers()[2]}, {other, list, other}, {nordPapers()[0], other, list}} {
+				verdicts, code := p.match()
+				mustBeZero(t, "ThreeWay", code, len(verdicts) == 0)
+			}
+		}
+	}
+	for _, rungs := range oddRungs() {
+		for _, turnover := range oddNumbers() {
+			bonus, code := impl.BonusOf(rungs, turnover)
+			mustBeZero(t, "BonusOf", code, bonus == 0)
+		}
+	}
+}
+
 func TestP1NoArgumentIsChanged(t *testing.T) {
 	for _, amount := range []int{1000, -10, 0, most, -most, most + 1} {
 		for _, list := range oddLists() {
@@ -1261,6 +1336,63 @@ func TestP1NoWeekOrHolidayIsChanged(t *testing.T) {
 	}
 }
 
+// withPartsBehind hands out segments whose lists of parts have a part behind their end.
+func withPartsBehind(list []impl.Segment) []impl.Segment {
+	held := slices.Clone(list)
+	for i := range held {
+		held[i].Parts = append(slices.Clone(held[i].Parts), "behind")[:len(held[i].Parts)]
+	}
+	return held
+}
+
+func partsBehind(list []impl.Segment) []string {
+	var all []string
+	for _, s := range list {
+		all = append(all, s.Parts[:len(s.Parts)+1]...)
+	}
+	return all
+}
+
+func TestP1NoSegmentIsChanged(t *testing.T) {
+	for _, list := range oddSegments() {
+		held := withPartsBehind(append(slices.Clone(list), segment("XYZ", "a", "b")))
+		before, parts := slices.Clone(held), partsBehind(held)
+		impl.SegmentsText(held[:len(list)])
+		if !sameSegments(held, before) || !slices.Equal(partsBehind(held), parts) {
+			t.Fatalf("segments that were given are changed: %.300s", fmt.Sprint(held))
+		}
+	}
+}
+
+func TestP1NoDocLineOrRungIsChanged(t *testing.T) {
+	for _, list := range oddDocs() {
+		var held, before papers
+		for place := range held {
+			held[place] = append(slices.Clone(list), docLine("behind", place, 7))
+			before[place] = slices.Clone(held[place])
+		}
+		given := papers{held[0][:len(list)], held[1][:len(list)], held[2][:len(list)]}
+		given.match()
+		given.with(1, nordPapers()[1]).match()
+		given.with(0, nordPapers()[0]).match()
+		for place := range held {
+			if !slices.Equal(held[place], before[place]) {
+				t.Fatalf("lines that were given are changed: %v", held)
+			}
+		}
+	}
+	for _, rungs := range oddRungs() {
+		held := append(slices.Clone(rungs), rung(7, 8, 9))
+		before := slices.Clone(held)
+		for _, turnover := range []int{-1, 0, 5, 5000, impl.MaxMoney} {
+			impl.BonusOf(held[:len(rungs)], turnover)
+		}
+		if !slices.Equal(held, before) {
+			t.Fatalf("rungs that were given are changed: %.200s", fmt.Sprint(held))
+		}
+	}
+}
+
 // wantNewMemory writes over an answer's list, behind its end too; what was given must stay, and the next answer be as it was.
 func wantNewMemory[T comparable](t *testing.T, what string, given []int, call func() ([]T, int), over T) {
 	t.Helper()
@@ -1320,6 +1452,90 @@ func TestP1EachListOfOrdersIsNewMemory(t *testing.T) {
 			for _, to := range []int{4, 8, 30, 400} {
 				wantNewMemory(t, "DeliveryDays", holidays, func() ([]int, int) { return impl.DeliveryDays(week, holidays[:count], 0, to) }, -1)
 			}
+		}
+	}
+}
+
+// within: the two texts have memory in common.
+func within(piece, text string) bool {
+	if len(piece) == 0 || len(text) == 0 {
+		return false
+	}
+	start, at := uintptr(unsafe.Pointer(unsafe.StringData(text))), uintptr(unsafe.Pointer(unsafe.StringData(piece)))
+	return at < start+uintptr(len(text)) && start < at+uintptr(len(piece))
+}
+
+// spoilSegments writes into all that lists of parts have room for, and looks whether one wrote into another.
+func spoilSegments(t *testing.T, list []impl.Segment) {
+	t.Helper()
+	over := func(i, at int) string { return fmt.Sprint("over ", i, " ", at) }
+	for i := range list {
+		room := list[i].Parts[:cap(list[i].Parts)]
+		for at := range room {
+			room[at] = over(i, at)
+		}
+	}
+	for i := range list {
+		for at, part := range list[i].Parts {
+			if part != over(i, at) {
+				t.Error("two lists of one answer share memory", list)
+			}
+		}
+	}
+	clear(list[:cap(list)])
+}
+
+func TestP1EachAnswerOfSegmentsIsNewMemory(t *testing.T) {
+	given := append(supplierSegments(), segment("ABC", "+", "a", "??"), fullSegment("x"), fullSegment("'"))
+	text, code := impl.SegmentsText(given)
+	if code != impl.OK {
+		t.Fatal("SegmentsText tells nothing", code)
+	}
+	for range 2 {
+		other, _, _ := impl.ReadSegments(text)
+		list, code, _ := impl.ReadSegments(text)
+		if code != impl.OK || !sameSegments(list, given) {
+			t.Fatal("an answer is kept", list, code)
+		}
+		for _, s := range list {
+			for _, piece := range append(s.Parts, s.Tag) {
+				if within(piece, text) {
+					t.Errorf("ReadSegments hands out a piece of the text: %q", piece)
+				}
+			}
+		}
+		spoilSegments(t, list)
+		if !sameSegments(other, given) {
+			t.Fatal("two answers share memory", other)
+		}
+	}
+	one := segmentsOf(segment("ABC"))
+	if told, _ := impl.SegmentsText(one); within(one[0].Tag, told) {
+		t.Error("SegmentsText hands out what it was given")
+	}
+}
+
+func TestP1EachListOfVerdictsIsNewMemory(t *testing.T) {
+	given := nordPapers()
+	wantNewMemory(t, "ThreeWay", nil, given.match, verdict("over", -1))
+	wantVerdicts(t, given, nordVerdicts(), impl.OK)
+	for count := range 5 {
+		some := papers{given[0][:count+1], given[1][:count], given[2][:min(count, 4)]}
+		wantNewMemory(t, "ThreeWay", nil, some.match, verdict("over", -1))
+		told, _ := some.match()
+		for _, v := range told {
+			for _, list := range some {
+				for _, l := range list {
+					if within(v.Article, l.Article) {
+						t.Errorf("ThreeWay hands out a text that it was given: %q", v.Article)
+					}
+				}
+			}
+		}
+	}
+	for place, list := range given {
+		if !slices.Equal(list, nordPapers()[place]) {
+			t.Error("an answer shares memory", list)
 		}
 	}
 }
@@ -1946,6 +2162,23 @@ func answers(backwards bool) []string {
 		calls = append(calls, func() string { return fmt.Sprint(impl.NextDay(weekOf(0, 3), []int{3, 7}, c[0])) })
 		calls = append(calls, func() string { return fmt.Sprint(impl.DeliveryDays(weekOf(0, 3), []int{3, 7}, c[0], c[1])) })
 	}
+	for _, list := range oddSegments() {
+		calls = append(calls, func() string { return fmt.Sprint(impl.SegmentsText(list)) })
+	}
+	for _, text := range oddSegmentTexts() {
+		calls = append(calls, func() string { return fmt.Sprint(impl.ReadSegments(text)) })
+	}
+	for _, list := range oddDocs() {
+		for place := range 3 {
+			calls = append(calls, func() string { return fmt.Sprint(nordPapers().with(place, list).match()) })
+		}
+		calls = append(calls, func() string { return fmt.Sprint(papers{list, list, list}.match()) })
+	}
+	for _, rungs := range oddRungs() {
+		for _, turnover := range []int{-1, 0, 5, 12345, impl.MaxMoney} {
+			calls = append(calls, func() string { return fmt.Sprint(impl.BonusOf(rungs, turnover)) })
+		}
+	}
 	for _, rate := range oddRates() {
 		calls = append(calls, func() string { return fmt.Sprint(impl.RateOK(rate)) })
 		calls = append(calls, func() string { return fmt.Sprint(impl.Split(-1235, rate)) })
@@ -2292,5 +2525,31 @@ func TestP1NoLoadsWeekOrHolidaysAndNilAreTheSame(t *testing.T) {
 			wantNoNext(t, week, []int{3}, n, impl.ErrBad)
 			wantNoDeliveries(t, week, []int{3}, 0, n, impl.ErrBad)
 		}
+	}
+}
+
+func TestP1NoSegmentsOrPartsAndNilAreTheSame(t *testing.T) {
+	wantSegmentsText(t, nil, "", impl.OK)
+	wantSegmentsText(t, []impl.Segment{}, "", impl.OK)
+	wantSegmentsText(t, segmentsOf(impl.Segment{Tag: "ABC"}, impl.Segment{Tag: "DEF", Parts: []string{}}), "ABC'DEF'", impl.OK)
+	wantSegments(t, "", nil)
+	wantSegments(t, "ABC'DEF'", segmentsOf(impl.Segment{Tag: "ABC", Parts: []string{}}, impl.Segment{Tag: "DEF"}))
+}
+
+func TestP1NoDocLinesOrRungsAndNilAreTheSame(t *testing.T) {
+	empty := []impl.DocLine{}
+	wantVerdicts(t, papers{empty, empty, empty}, nil, impl.OK)
+	wantVerdicts(t, papers{}, nil, impl.OK)
+	for place := range 3 {
+		for _, list := range slices.Concat(rightDocs(), wrongDocs()) {
+			want, code := papers{}.with(place, list).match()
+			wantVerdicts(t, papers{empty, empty, empty}.with(place, list), want, code)
+			want, code = nordPapers().with(place, nil).with((place+1)%3, list).match()
+			wantVerdicts(t, nordPapers().with(place, empty).with((place+1)%3, list), want, code)
+		}
+	}
+	for _, turnover := range append(oddNumbers(), turnoversOutOfRange()...) {
+		wantBonusByWords(t, nil, turnover)
+		wantBonusByWords(t, []impl.Rung{}, turnover)
 	}
 }
