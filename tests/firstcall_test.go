@@ -58,6 +58,12 @@ func firstCalls() []firstCall {
 		{"ReadSegments of a text that is none", func() string { return fmt.Sprint(impl.ReadSegments("ABC+?x'")) }, is([]impl.Segment{}, impl.ErrSyntax, 5)},
 		{"ThreeWay", func() string { return fmt.Sprint(nordPapers().match()) }, is(nordVerdicts(), impl.OK)},
 		{"BonusOf", func() string { return fmt.Sprint(impl.BonusOf(yearRungs(), 1034)) }, is(31, impl.OK)},
+		{"Between", func() string { return fmt.Sprint(impl.Between(teaHall(), spot(0, 2), spot(2, 3))) }, is(11, impl.OK)},
+		{"PathLength", func() string { return fmt.Sprint(impl.PathLength(teaHall(), teaPicks(), []int{0, 1, 2})) }, is(38, impl.OK)},
+		{"BestPath", func() string { return fmt.Sprint(impl.BestPath(teaHall(), teaPicks())) }, is([]int{1, 0, 2}, 28, impl.OK)},
+		{"BestPath at once", atOnce(func() string { return fmt.Sprint(impl.BestPath(teaHall(), teaPicks())) }), is([]int{1, 0, 2}, 28, impl.OK)},
+		{"SortRun", func() string { return fmt.Sprint(impl.SortRun(teaLanes(), teaParcels())) }, is(teaSorted(), impl.OK)},
+		{"SortRun at once", atOnce(func() string { return fmt.Sprint(impl.SortRun(teaLanes(), teaParcels())) }), is(teaSorted(), impl.OK)},
 		{"CodeWord", func() string { return fmt.Sprint(impl.CodeWord(impl.ErrShort)) }, is("short")},
 		{"CodeOf", func() string { return fmt.Sprint(impl.CodeOf("short")) }, is(impl.ErrShort)},
 	}

@@ -978,6 +978,78 @@ func TestP1DocumentsOfAnyKindAreAnswered(t *testing.T) {
 	}
 }
 
+func oddHalls() []impl.Hall {
+	halls := append(wrongHalls(), edgeHalls()...)
+	for _, n := range oddNumbers() {
+		halls = append(halls, hall(n, n, n), hall(n, 10, 3), hall(4, n, 3), hall(4, 10, n))
+	}
+	return halls
+}
+
+func oddSpots() []impl.Spot {
+	spots := append(wrongSpots(teaHall()), edgeSpots(teaHall())...)
+	for _, n := range oddNumbers() {
+		spots = append(spots, spot(n, n), spot(n, 1), spot(1, n))
+	}
+	return spots
+}
+
+func oddPicks() [][]impl.Spot {
+	lists := [][]impl.Spot{nil, {}, teaPicks(), edgeSpots(teaHall())[:impl.MaxPicks], edgeSpots(teaHall()), make([]impl.Spot, impl.MaxPicks), make([]impl.Spot, impl.MaxPicks+1), make([]impl.Spot, impl.MaxList), make([]impl.Spot, impl.MaxList+1)}
+	for _, s := range oddSpots() {
+		lists = append(lists, []impl.Spot{s}, append(teaPicks(), s), append([]impl.Spot{s}, teaPicks()...))
+	}
+	return lists
+}
+
+func oddLanes() [][]impl.Lane {
+	lists := [][]impl.Lane{nil, {}, teaLanes(), lanesAlike(1, 100, impl.MaxLanes), lanesAlike(1, 100, impl.MaxLanes+1), make([]impl.Lane, impl.MaxList), make([]impl.Lane, impl.MaxList+1), lanesAlike(1, 1, impl.MaxList+1)}
+	for _, n := range oddNumbers() {
+		lists = append(lists, lanesOf([2]int{n, n}), append(teaLanes(), lanesOf([2]int{n, 1})...), append(lanesOf([2]int{1, n}), teaLanes()...))
+	}
+	return lists
+}
+
+func oddParcels() [][]int {
+	return append(oddLists(), teaParcels(), alike(0, impl.MaxParcels), alike(1, impl.MaxParcels), alike(0, impl.MaxParcels+1), []int{8, 7, 6, 5, 4, 3, 2, 1, 0, 0, 1, 0})
+}
+
+func TestP1PathsOfAnyKindAreAnswered(t *testing.T) {
+	for _, h := range oddHalls() {
+		for _, a := range oddSpots() {
+			far, code := impl.Between(h, a, spot(0, 1))
+			mustBeZero(t, "Between", code, far == 0)
+			far, code = impl.Between(h, spot(1, 0), a)
+			mustBeZero(t, "Between", code, far == 0)
+			order, length, code := impl.BestPath(h, append(teaPicks(), a))
+			mustBeZero(t, "BestPath", code, len(order) == 0 && length == 0)
+		}
+	}
+	for _, picks := range oddPicks() {
+		order, length, code := impl.BestPath(teaHall(), picks)
+		mustBeZero(t, "BestPath", code, len(order) == 0 && length == 0)
+		if code == impl.OK && len(order) != len(picks) {
+			t.Errorf("BestPath tells an order of %d for %d picks", len(order), len(picks))
+		}
+		for _, order := range append(oddLists(), []int{2, 0, 1}, []int{0, 1, 2, 3}) {
+			length, code := impl.PathLength(teaHall(), picks, order)
+			mustBeZero(t, "PathLength", code, length == 0)
+		}
+	}
+}
+
+func TestP1SortingsOfAnyKindAreAnswered(t *testing.T) {
+	for _, lanes := range oddLanes() {
+		for _, parcels := range oddParcels() {
+			log, code := impl.SortRun(lanes, parcels)
+			mustBeZero(t, "SortRun", code, sameLog(log, impl.SortLog{}))
+			if code == impl.OK && len(log.Out) != len(parcels) {
+				t.Errorf("SortRun tells %d ticks of %d parcels", len(log.Out), len(parcels))
+			}
+		}
+	}
+}
+
 func TestP1NoArgumentIsChanged(t *testing.T) {
 	for _, amount := range []int{1000, -10, 0, most, -most, most + 1} {
 		for _, list := range oddLists() {
@@ -1393,6 +1465,40 @@ func TestP1NoDocLineOrRungIsChanged(t *testing.T) {
 	}
 }
 
+func TestP1NoPickOrOrderIsChanged(t *testing.T) {
+	for _, picks := range oddPicks() {
+		for _, order := range append(oddLists(), []int{2, 0, 1}, []int{3, 0, 1, 2}, []int{8, 7, 6, 5, 4, 3, 2, 1, 0}) {
+			heldPicks := append(slices.Clone(picks), spotsOf([2]int{77, 78}, [2]int{3, 3})...) // what stands behind the end of the argument
+			heldOrder := append(slices.Clone(order), 77, 78, 79)
+			beforePicks, beforeOrder := slices.Clone(heldPicks), slices.Clone(heldOrder)
+			impl.PathLength(teaHall(), heldPicks[:len(picks)], heldOrder[:len(order)])
+			if !slices.Equal(heldPicks, beforePicks) || !slices.Equal(heldOrder, beforeOrder) {
+				t.Fatalf("picks or an order that were given are changed: %.200s, %.200s", fmt.Sprint(heldPicks), fmt.Sprint(heldOrder))
+			}
+		}
+		held := append(slices.Clone(picks), spotsOf([2]int{77, 78}, [2]int{3, 3})...)
+		before := slices.Clone(held)
+		impl.BestPath(teaHall(), held[:len(picks)])
+		if !slices.Equal(held, before) {
+			t.Fatalf("picks that were given are changed: %.200s", fmt.Sprint(held))
+		}
+	}
+}
+
+func TestP1NoLaneOrParcelIsChanged(t *testing.T) {
+	for _, lanes := range oddLanes() {
+		for _, parcels := range oddParcels() {
+			heldLanes := append(slices.Clone(lanes), lanesOf([2]int{77, 78}, [2]int{1, 1})...) // what stands behind the end of the argument
+			heldParcels := append(slices.Clone(parcels), 77, 78, 79)
+			beforeLanes, beforeParcels := slices.Clone(heldLanes), slices.Clone(heldParcels)
+			impl.SortRun(heldLanes[:len(lanes)], heldParcels[:len(parcels)])
+			if !slices.Equal(heldLanes, beforeLanes) || !slices.Equal(heldParcels, beforeParcels) {
+				t.Fatalf("lanes or parcels that were given are changed: %.200s, %.200s", fmt.Sprint(heldLanes), fmt.Sprint(heldParcels))
+			}
+		}
+	}
+}
+
 // wantNewMemory writes over an answer's list, behind its end too; what was given must stay, and the next answer be as it was.
 func wantNewMemory[T comparable](t *testing.T, what string, given []int, call func() ([]T, int), over T) {
 	t.Helper()
@@ -1453,6 +1559,46 @@ func TestP1EachListOfOrdersIsNewMemory(t *testing.T) {
 				wantNewMemory(t, "DeliveryDays", holidays, func() ([]int, int) { return impl.DeliveryDays(week, holidays[:count], 0, to) }, -1)
 			}
 		}
+	}
+}
+
+func TestP1EachListOfPicksIsNewMemory(t *testing.T) {
+	for _, all := range [][]impl.Spot{teaPicks(), edgeSpots(teaHall())[:impl.MaxPicks]} {
+		for count := 1; count <= len(all); count++ {
+			picks := slices.Clone(all[:count])
+			wantNewMemory(t, "BestPath", nil, func() ([]int, int) {
+				order, _, code := impl.BestPath(teaHall(), picks)
+				return order, code
+			}, -7)
+			if !slices.Equal(picks, all[:count]) {
+				t.Error("BestPath: an answer shares memory with what was given", picks)
+			}
+		}
+	}
+}
+
+func TestP1EachSortLogIsNewMemory(t *testing.T) {
+	lanes, parcels := teaLanes(), append(teaParcels(), 1, 1, 1)
+	outOf := func() ([]int, int) {
+		log, code := impl.SortRun(lanes, parcels)
+		return log.Out, code
+	}
+	rejectedOf := func() ([]int, int) {
+		log, code := impl.SortRun(lanes, parcels)
+		return log.Rejected, code
+	}
+	wantNewMemory(t, "SortRun", parcels, outOf, -7)
+	wantNewMemory(t, "SortRun", parcels, rejectedOf, -7)
+	if !slices.Equal(lanes, teaLanes()) {
+		t.Error("SortRun: an answer shares memory with what was given", lanes)
+	}
+	log, _ := impl.SortRun(lanes, parcels)
+	want := slices.Clone(log.Rejected)
+	for i := range log.Out[:cap(log.Out)] {
+		log.Out[:cap(log.Out)][i] = -7
+	}
+	if !slices.Equal(log.Rejected, want) {
+		t.Error("SortRun: two lists of one answer share memory", log)
 	}
 }
 
@@ -2179,6 +2325,25 @@ func answers(backwards bool) []string {
 			calls = append(calls, func() string { return fmt.Sprint(impl.BonusOf(rungs, turnover)) })
 		}
 	}
+	for _, h := range oddHalls() {
+		calls = append(calls, func() string { return fmt.Sprint(impl.Between(h, spot(0, 1), spot(1, 0))) })
+		calls = append(calls, func() string { return fmt.Sprint(impl.PathLength(h, teaPicks(), []int{2, 0, 1})) })
+		calls = append(calls, func() string { return fmt.Sprint(impl.BestPath(h, teaPicks())) })
+	}
+	for _, s := range oddSpots() {
+		calls = append(calls, func() string { return fmt.Sprint(impl.Between(teaHall(), s, spot(1, 0))) })
+	}
+	for _, picks := range oddPicks() {
+		calls = append(calls, func() string { return fmt.Sprint(impl.PathLength(teaHall(), picks, []int{0, 1, 3, 2})) })
+		calls = append(calls, func() string { return fmt.Sprint(impl.BestPath(teaHall(), picks)) })
+	}
+	for _, lanes := range oddLanes() {
+		calls = append(calls, func() string { return fmt.Sprint(impl.SortRun(lanes, teaParcels())) })
+	}
+	for _, parcels := range oddParcels() {
+		calls = append(calls, func() string { return fmt.Sprint(impl.PathLength(teaHall(), teaPicks(), parcels)) })
+		calls = append(calls, func() string { return fmt.Sprint(impl.SortRun(teaLanes(), parcels)) })
+	}
 	for _, rate := range oddRates() {
 		calls = append(calls, func() string { return fmt.Sprint(impl.RateOK(rate)) })
 		calls = append(calls, func() string { return fmt.Sprint(impl.Split(-1235, rate)) })
@@ -2551,5 +2716,27 @@ func TestP1NoDocLinesOrRungsAndNilAreTheSame(t *testing.T) {
 	for _, turnover := range append(oddNumbers(), turnoversOutOfRange()...) {
 		wantBonusByWords(t, nil, turnover)
 		wantBonusByWords(t, []impl.Rung{}, turnover)
+	}
+}
+
+func TestP1NoPicksLanesOrParcelsAndNilAreTheSame(t *testing.T) {
+	for _, h := range oddHalls() {
+		for _, picks := range [][]impl.Spot{nil, {}} {
+			for _, order := range [][]int{nil, {}, {0}} {
+				wantPathByWords(t, h, picks, order)
+			}
+			wantBestPathBySearch(t, h, picks)
+		}
+		for _, order := range [][]int{nil, {}} {
+			wantPathByWords(t, h, teaPicks(), order)
+		}
+	}
+	for _, parcels := range append(oddParcels(), []int{}) {
+		wantSortedByWords(t, nil, parcels)
+		wantSortedByWords(t, []impl.Lane{}, parcels)
+	}
+	for _, lanes := range oddLanes() {
+		wantSortedByWords(t, lanes, nil)
+		wantSortedByWords(t, lanes, []int{})
 	}
 }
