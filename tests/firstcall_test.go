@@ -64,6 +64,12 @@ func firstCalls() []firstCall {
 		{"BestPath at once", atOnce(func() string { return fmt.Sprint(impl.BestPath(teaHall(), teaPicks())) }), is([]int{1, 0, 2}, 28, impl.OK)},
 		{"SortRun", func() string { return fmt.Sprint(impl.SortRun(teaLanes(), teaParcels())) }, is(teaSorted(), impl.OK)},
 		{"SortRun at once", atOnce(func() string { return fmt.Sprint(impl.SortRun(teaLanes(), teaParcels())) }), is(teaSorted(), impl.OK)},
+		{"StopsOK", func() string { return fmt.Sprint(impl.StopsOK(teaStops())) }, is(true)},
+		{"RouteOf", func() string { return fmt.Sprint(impl.RouteOf(teaStops(), 0, []int{1, 0})) }, is(routeOf([]int{1, 0}, []int{5, 31}, 15, 38), impl.OK)},
+		{"BestRoute", func() string { return fmt.Sprint(impl.BestRoute(teaStops(), 9)) }, is(routeOf([]int{1, 0}, []int{14, 31}, 6, 38), impl.OK)},
+		{"BestRoute at the bound", func() string { return fmt.Sprint(impl.BestRoute(teaStops(), 0)) }, is(routeOf([]int{0, 1}, []int{5, 17}, 3, 26), impl.OK)},
+		{"BestRoute at once", atOnce(func() string { return fmt.Sprint(impl.BestRoute(teaStops(), 0)) }), is(routeOf([]int{0, 1}, []int{5, 17}, 3, 26), impl.OK)},
+		{"LeastEnd", func() string { return fmt.Sprint(impl.LeastEnd(teaStops(), 0)) }, is(26, impl.OK)},
 		{"CodeWord", func() string { return fmt.Sprint(impl.CodeWord(impl.ErrShort)) }, is("short")},
 		{"CodeOf", func() string { return fmt.Sprint(impl.CodeOf("short")) }, is(impl.ErrShort)},
 	}

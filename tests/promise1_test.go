@@ -1050,6 +1050,44 @@ func TestP1SortingsOfAnyKindAreAnswered(t *testing.T) {
 	}
 }
 
+func oddStops() [][]impl.Stop {
+	lists := [][]impl.Stop{nil, {}, teaStops(), edgeStops()[:impl.MaxStops], edgeStops()[impl.MaxStops:], edgeStops(), make([]impl.Stop, impl.MaxStops), make([]impl.Stop, impl.MaxStops+1), make([]impl.Stop, impl.MaxList), make([]impl.Stop, impl.MaxList+1), slices.Repeat(wrongStops(), impl.MaxList)}
+	for _, s := range append(wrongStops(), edgeStops()...) {
+		lists = append(lists, []impl.Stop{s}, append(teaStops(), s))
+	}
+	for _, n := range oddNumbers() {
+		lists = append(lists, []impl.Stop{stopAt(n, n, n, n, n)}, append(teaStops(), stopAt(n, 3, 0, 100, 1)), append(teaStops(), stopAt(3, 4, 0, n, 1)))
+	}
+	return lists
+}
+
+func oddBegins() []int { return append(oddNumbers(), impl.MaxClock-1, impl.MaxClock, impl.MaxClock+1) }
+
+func oddOrders() [][]int {
+	return append(oddLists(), []int{1, 0}, []int{0, 1}, []int{2, 0, 1}, []int{0, 1, 2}, []int{6, 5, 4, 3, 2, 1, 0}, numbersUpTo(impl.MaxStops+1))
+}
+
+func TestP1RoutesOfAnyKindAreAnswered(t *testing.T) {
+	for _, stops := range oddStops() {
+		impl.StopsOK(stops)
+		for _, begin := range oddBegins() {
+			best, code := impl.BestRoute(stops, begin)
+			mustBeZero(t, "BestRoute", code, sameRoute(best, impl.Route{}))
+			if code == impl.OK && (len(best.Order) != len(stops) || len(best.Arrives) != len(stops)) {
+				t.Errorf("BestRoute tells %+v of %d stops", best, len(stops))
+			}
+			end, code := impl.LeastEnd(stops, begin)
+			mustBeZero(t, "LeastEnd", code, end == 0)
+			route, code := impl.RouteOf(stops, begin, []int{2, 0, 1})
+			mustBeZero(t, "RouteOf", code, sameRoute(route, impl.Route{}))
+		}
+		for _, order := range oddOrders() {
+			route, code := impl.RouteOf(stops, 3, order)
+			mustBeZero(t, "RouteOf", code, sameRoute(route, impl.Route{}))
+		}
+	}
+}
+
 func TestP1NoArgumentIsChanged(t *testing.T) {
 	for _, amount := range []int{1000, -10, 0, most, -most, most + 1} {
 		for _, list := range oddLists() {
@@ -1499,6 +1537,28 @@ func TestP1NoLaneOrParcelIsChanged(t *testing.T) {
 	}
 }
 
+func TestP1NoStopOrOrderIsChanged(t *testing.T) {
+	for _, stops := range oddStops() {
+		heldStops := append(slices.Clone(stops), stopAt(77, 78, 79, 80, 81), stopAt(1, 2, 3, 4, 5)) // what stands behind the end of the argument
+		beforeStops := slices.Clone(heldStops)
+		given := heldStops[:len(stops)]
+		for _, order := range oddOrders() {
+			heldOrder := append(slices.Clone(order), 77, 78, 79)
+			beforeOrder := slices.Clone(heldOrder)
+			impl.RouteOf(given, 3, heldOrder[:len(order)])
+			if !slices.Equal(heldOrder, beforeOrder) {
+				t.Fatalf("an order that was given is changed: %.200s", fmt.Sprint(heldOrder))
+			}
+		}
+		impl.StopsOK(given)
+		impl.BestRoute(given, 3)
+		impl.LeastEnd(given, 3)
+		if !slices.Equal(heldStops, beforeStops) {
+			t.Fatalf("stops that were given are changed: %.200s", fmt.Sprint(heldStops))
+		}
+	}
+}
+
 // wantNewMemory writes over an answer's list, behind its end too; what was given must stay, and the next answer be as it was.
 func wantNewMemory[T comparable](t *testing.T, what string, given []int, call func() ([]T, int), over T) {
 	t.Helper()
@@ -1599,6 +1659,45 @@ func TestP1EachSortLogIsNewMemory(t *testing.T) {
 	}
 	if !slices.Equal(log.Rejected, want) {
 		t.Error("SortRun: two lists of one answer share memory", log)
+	}
+}
+
+// routeCalls are of as many stops as there may be, and of fewer.
+func routeCalls(stops []impl.Stop, order []int) map[string]func() (impl.Route, int) {
+	return map[string]func() (impl.Route, int){
+		"RouteOf":   func() (impl.Route, int) { return impl.RouteOf(stops, 3, order) },
+		"BestRoute": func() (impl.Route, int) { return impl.BestRoute(stops, 3) },
+	}
+}
+
+func TestP1EachRouteIsNewMemory(t *testing.T) {
+	for count := 1; count <= impl.MaxStops; count++ {
+		var stops []impl.Stop
+		for place := range count {
+			stops = append(stops, openAt(place*place, 3-place, place))
+		}
+		before, order := slices.Clone(stops), numbersUpTo(count)
+		for what, call := range routeCalls(stops, order) {
+			wantNewMemory(t, what, order, func() ([]int, int) {
+				route, code := call()
+				return route.Order, code
+			}, -7)
+			wantNewMemory(t, what, order, func() ([]int, int) {
+				route, code := call()
+				return route.Arrives, code
+			}, -7)
+			route, _ := call()
+			want := slices.Clone(route.Arrives)
+			for i := range route.Order[:cap(route.Order)] {
+				route.Order[:cap(route.Order)][i] = -7
+			}
+			if !slices.Equal(route.Arrives, want) {
+				t.Error(what+": two lists of one answer share memory", route)
+			}
+			if !slices.Equal(stops, before) {
+				t.Error(what+": an answer shares memory with what was given", stops)
+			}
+		}
 	}
 }
 
@@ -2344,6 +2443,20 @@ func answers(backwards bool) []string {
 		calls = append(calls, func() string { return fmt.Sprint(impl.PathLength(teaHall(), teaPicks(), parcels)) })
 		calls = append(calls, func() string { return fmt.Sprint(impl.SortRun(teaLanes(), parcels)) })
 	}
+	for _, stops := range oddStops() {
+		calls = append(calls, func() string { return fmt.Sprint(impl.StopsOK(stops)) })
+		calls = append(calls, func() string { return fmt.Sprint(impl.RouteOf(stops, 3, []int{1, 0, 2})) })
+		calls = append(calls, func() string { return fmt.Sprint(impl.BestRoute(stops, 3)) })
+		calls = append(calls, func() string { return fmt.Sprint(impl.LeastEnd(stops, 3)) })
+	}
+	for _, begin := range oddBegins() {
+		calls = append(calls, func() string { return fmt.Sprint(impl.RouteOf(teaStops(), begin, []int{1, 0})) })
+		calls = append(calls, func() string { return fmt.Sprint(impl.BestRoute(teaStops(), begin)) })
+		calls = append(calls, func() string { return fmt.Sprint(impl.LeastEnd(teaStops(), begin)) })
+	}
+	for _, order := range oddOrders() {
+		calls = append(calls, func() string { return fmt.Sprint(impl.RouteOf(teaStops(), 0, order)) })
+	}
 	for _, rate := range oddRates() {
 		calls = append(calls, func() string { return fmt.Sprint(impl.RateOK(rate)) })
 		calls = append(calls, func() string { return fmt.Sprint(impl.Split(-1235, rate)) })
@@ -2738,5 +2851,20 @@ func TestP1NoPicksLanesOrParcelsAndNilAreTheSame(t *testing.T) {
 	for _, lanes := range oddLanes() {
 		wantSortedByWords(t, lanes, nil)
 		wantSortedByWords(t, lanes, []int{})
+	}
+}
+
+func TestP1NoStopsOrOrderAndNilAreTheSame(t *testing.T) {
+	for _, begin := range oddBegins() {
+		for _, stops := range [][]impl.Stop{nil, {}} {
+			for _, order := range [][]int{nil, {}, {0}} {
+				wantRouteByWords(t, stops, begin, order)
+			}
+			wantBestRouteBySearch(t, stops, begin)
+			wantLeastEndByWords(t, stops, begin)
+		}
+		for _, order := range [][]int{nil, {}} {
+			wantRouteByWords(t, teaStops(), begin, order)
+		}
 	}
 }
