@@ -70,6 +70,10 @@ func firstCalls() []firstCall {
 		{"BestRoute at the bound", func() string { return fmt.Sprint(impl.BestRoute(teaStops(), 0)) }, is(routeOf([]int{0, 1}, []int{5, 17}, 3, 26), impl.OK)},
 		{"BestRoute at once", atOnce(func() string { return fmt.Sprint(impl.BestRoute(teaStops(), 0)) }), is(routeOf([]int{0, 1}, []int{5, 17}, 3, 26), impl.OK)},
 		{"LeastEnd", func() string { return fmt.Sprint(impl.LeastEnd(teaStops(), 0)) }, is(26, impl.OK)},
+		{"ShiftsOK", func() string { return fmt.Sprint(impl.ShiftsOK(teaShifts(), teaWorkers())) }, is(true)},
+		{"RosterOf", func() string { return fmt.Sprint(impl.RosterOf(teaShifts(), teaWorkers(), []int{0, 0, 1})) }, is(impl.Roster{}, impl.ErrState, 1)},
+		{"BestRoster", func() string { return fmt.Sprint(impl.BestRoster(teaShifts(), teaWorkers())) }, is(rosterOf(930, 0, 1, 1), impl.OK)},
+		{"BestRoster at once", atOnce(func() string { return fmt.Sprint(impl.BestRoster(apartShifts(3), freeWorkers(5))) }), is(rosterOf(30, 0, 0, 0), impl.OK)},
 		{"CodeWord", func() string { return fmt.Sprint(impl.CodeWord(impl.ErrShort)) }, is("short")},
 		{"CodeOf", func() string { return fmt.Sprint(impl.CodeOf("short")) }, is(impl.ErrShort)},
 	}

@@ -1088,6 +1088,58 @@ func TestP1RoutesOfAnyKindAreAnswered(t *testing.T) {
 	}
 }
 
+func oddShifts() [][]impl.Shift {
+	lists := [][]impl.Shift{nil, {}, teaShifts(), edgeShifts()[:impl.MaxShifts], edgeShifts(), apartShifts(impl.MaxShifts), apartShifts(impl.MaxShifts + 1), make([]impl.Shift, impl.MaxList), make([]impl.Shift, impl.MaxList+1), slices.Repeat(wrongShifts(), impl.MaxList)}
+	for _, s := range append(wrongShifts(), edgeShifts()...) {
+		lists = append(lists, []impl.Shift{s}, append(teaShifts(), s), append([]impl.Shift{s}, teaShifts()...))
+	}
+	for _, n := range oddNumbers() {
+		lists = append(lists, []impl.Shift{shiftAt(n, n, "till")}, append(teaShifts(), shiftAt(n, 9999, "till")), append(teaShifts(), shiftAt(110, n, "bread")))
+	}
+	return lists
+}
+
+func oddWorkers() [][]impl.Worker {
+	lists := [][]impl.Worker{nil, {}, teaWorkers(), edgeWorkers()[:impl.MaxWorkers], edgeWorkers(), freeWorkers(impl.MaxWorkers), freeWorkers(impl.MaxWorkers + 1), make([]impl.Worker, impl.MaxList), make([]impl.Worker, impl.MaxList+1), {free("a", 1), free("a", 1)}}
+	for _, w := range append(wrongWorkers(), edgeWorkers()...) {
+		lists = append(lists, []impl.Worker{w}, append(teaWorkers(), w))
+	}
+	for _, n := range oddNumbers() {
+		lists = append(lists, []impl.Worker{workerOf("x", n, n, n, "till")}, append(teaWorkers(), workerOf("x", n, 10, 1, "till", "bread")), append(teaWorkers(), workerOf("x", 100, n, 1, "till", "bread")), append(teaWorkers(), workerOf("x", 100, 10, n, "till", "bread")))
+	}
+	return lists
+}
+
+func oddWho() [][]int { return append(oddLists(), []int{0, 1, 1}, []int{1, 0, 0}, []int{0, 1, 2}) }
+
+func TestP1RostersOfAnyKindAreAnswered(t *testing.T) {
+	wants := func(shifts []impl.Shift, workers []impl.Worker) {
+		impl.ShiftsOK(shifts, workers)
+		best, code := impl.BestRoster(shifts, workers)
+		mustBeZero(t, "BestRoster", code, sameRoster(best, impl.Roster{}))
+		if code == impl.OK && len(best.Who) != len(shifts) {
+			t.Errorf("BestRoster tells %+v of %d shifts", best, len(shifts))
+		}
+		for _, who := range oddWho() {
+			roster, code, at := impl.RosterOf(shifts, workers, who)
+			mustBeZero(t, "RosterOf", code, sameRoster(roster, impl.Roster{}))
+			if at != 0 && (code == impl.OK || at < 0 || at >= len(shifts)) {
+				t.Errorf("RosterOf tells shift %d of %d, %d", at, len(shifts), code)
+			}
+		}
+	}
+	for _, shifts := range oddShifts() {
+		for _, workers := range [][]impl.Worker{nil, teaWorkers(), {wrongWorkers()[0]}} {
+			wants(shifts, workers)
+		}
+	}
+	for _, workers := range oddWorkers() {
+		for _, shifts := range [][]impl.Shift{nil, teaShifts(), {wrongShifts()[0]}} {
+			wants(shifts, workers)
+		}
+	}
+}
+
 func TestP1NoArgumentIsChanged(t *testing.T) {
 	for _, amount := range []int{1000, -10, 0, most, -most, most + 1} {
 		for _, list := range oddLists() {
@@ -1559,6 +1611,52 @@ func TestP1NoStopOrOrderIsChanged(t *testing.T) {
 	}
 }
 
+// withSkillsBehind makes workers whose Skills have texts behind their ends.
+func withSkillsBehind(workers []impl.Worker) []impl.Worker {
+	held := append(slices.Clone(workers), workerOf("behind", 1, 2, 3, "behind"), workerOf("a", 4, 5, 6)) // what stands behind the end of the argument
+	for number, w := range held {
+		held[number].Skills = append(slices.Clone(w.Skills), "behind", "till")[:len(w.Skills)]
+	}
+	return held
+}
+
+func skillsBehind(workers []impl.Worker) []string {
+	var skills []string
+	for _, w := range workers {
+		skills = append(skills, w.Skills[:len(w.Skills)+2]...)
+	}
+	return skills
+}
+
+func TestP1NoShiftWorkerOrWhoIsChanged(t *testing.T) {
+	wants := func(shifts []impl.Shift, workers []impl.Worker) {
+		t.Helper()
+		heldShifts := append(slices.Clone(shifts), shiftAt(77, 78, "behind"), shiftAt(1, 2, "till")) // what stands behind the end of the argument
+		heldWorkers := withSkillsBehind(workers)
+		beforeShifts, beforeWorkers, beforeSkills := slices.Clone(heldShifts), fmt.Sprint(heldWorkers), skillsBehind(heldWorkers)
+		givenShifts, givenWorkers := heldShifts[:len(shifts)], heldWorkers[:len(workers)]
+		for _, who := range oddWho() {
+			heldWho := append(slices.Clone(who), 77, 78, 79)
+			beforeWho := slices.Clone(heldWho)
+			impl.RosterOf(givenShifts, givenWorkers, heldWho[:len(who)])
+			if !slices.Equal(heldWho, beforeWho) {
+				t.Fatalf("a list of who that was given is changed: %.200s", fmt.Sprint(heldWho))
+			}
+		}
+		impl.ShiftsOK(givenShifts, givenWorkers)
+		impl.BestRoster(givenShifts, givenWorkers)
+		if !slices.Equal(heldShifts, beforeShifts) || fmt.Sprint(heldWorkers) != beforeWorkers || !slices.Equal(skillsBehind(heldWorkers), beforeSkills) {
+			t.Fatalf("shifts or workers that were given are changed: %.200s, %.200s", fmt.Sprint(heldShifts), fmt.Sprint(heldWorkers))
+		}
+	}
+	for _, shifts := range oddShifts() {
+		wants(shifts, teaWorkers())
+	}
+	for _, workers := range oddWorkers() {
+		wants(teaShifts(), workers)
+	}
+}
+
 // wantNewMemory writes over an answer's list, behind its end too; what was given must stay, and the next answer be as it was.
 func wantNewMemory[T comparable](t *testing.T, what string, given []int, call func() ([]T, int), over T) {
 	t.Helper()
@@ -1697,6 +1795,23 @@ func TestP1EachRouteIsNewMemory(t *testing.T) {
 			if !slices.Equal(stops, before) {
 				t.Error(what+": an answer shares memory with what was given", stops)
 			}
+		}
+	}
+}
+
+func TestP1EachRosterIsNewMemory(t *testing.T) {
+	for count := 1; count <= impl.MaxShifts; count++ {
+		shifts, workers, who := apartShifts(count), freeWorkers(impl.MaxWorkers), alike(0, count)
+		wantNewMemory(t, "RosterOf", who, func() ([]int, int) {
+			roster, code, _ := impl.RosterOf(shifts, workers, who)
+			return roster.Who, code
+		}, -7)
+		wantNewMemory(t, "BestRoster", who, func() ([]int, int) {
+			roster, code := impl.BestRoster(shifts, workers)
+			return roster.Who, code
+		}, -7)
+		if !slices.Equal(shifts, apartShifts(count)) || fmt.Sprint(workers) != fmt.Sprint(freeWorkers(impl.MaxWorkers)) {
+			t.Error("an answer shares memory with what was given", shifts, workers)
 		}
 	}
 }
@@ -2457,6 +2572,19 @@ func answers(backwards bool) []string {
 	for _, order := range oddOrders() {
 		calls = append(calls, func() string { return fmt.Sprint(impl.RouteOf(teaStops(), 0, order)) })
 	}
+	for _, shifts := range oddShifts() {
+		calls = append(calls, func() string { return fmt.Sprint(impl.ShiftsOK(shifts, teaWorkers())) })
+		calls = append(calls, func() string { return fmt.Sprint(impl.RosterOf(shifts, teaWorkers(), []int{0, 1, 1})) })
+		calls = append(calls, func() string { return fmt.Sprint(impl.BestRoster(shifts, freeWorkers(3))) })
+	}
+	for _, workers := range oddWorkers() {
+		calls = append(calls, func() string { return fmt.Sprint(impl.ShiftsOK(teaShifts(), workers)) })
+		calls = append(calls, func() string { return fmt.Sprint(impl.RosterOf(teaShifts(), workers, []int{0, 1, 1})) })
+		calls = append(calls, func() string { return fmt.Sprint(impl.BestRoster(teaShifts(), workers)) })
+	}
+	for _, who := range oddWho() {
+		calls = append(calls, func() string { return fmt.Sprint(impl.RosterOf(teaShifts(), teaWorkers(), who)) })
+	}
 	for _, rate := range oddRates() {
 		calls = append(calls, func() string { return fmt.Sprint(impl.RateOK(rate)) })
 		calls = append(calls, func() string { return fmt.Sprint(impl.Split(-1235, rate)) })
@@ -2866,5 +2994,33 @@ func TestP1NoStopsOrOrderAndNilAreTheSame(t *testing.T) {
 		for _, order := range [][]int{nil, {}} {
 			wantRouteByWords(t, teaStops(), begin, order)
 		}
+	}
+}
+
+func TestP1NoShiftsWorkersOrWhoAndNilAreTheSame(t *testing.T) {
+	none := workerOf("a", 100, 0, 1)
+	for _, shifts := range [][]impl.Shift{nil, {}} {
+		for _, workers := range append(oddWorkers(), []impl.Worker{}) {
+			wantShiftsOK(t, shifts, workers, shiftsByWords(shifts, workers))
+			wantBestRosterBySearch(t, shifts, workers)
+			for _, who := range [][]int{nil, {}, {0}} {
+				wantRosterByWords(t, shifts, workers, who)
+			}
+		}
+	}
+	for _, workers := range [][]impl.Worker{nil, {}} {
+		for _, shifts := range oddShifts() {
+			wantShiftsOK(t, shifts, workers, shiftsByWords(shifts, workers))
+			wantBestRosterBySearch(t, shifts, workers)
+			for _, who := range [][]int{nil, {}, {0}, {0, 0, 0}} {
+				wantRosterByWords(t, shifts, workers, who)
+			}
+		}
+	}
+	for _, skills := range [][]string{nil, {}} {
+		none.Skills = skills
+		wantNoRoster(t, apartShifts(1), []impl.Worker{none}, []int{0}, impl.ErrKind, 0)
+		wantNoBestRoster(t, apartShifts(1), []impl.Worker{none}, impl.ErrNone)
+		wantRoster(t, nil, []impl.Worker{none}, nil, impl.Roster{}, impl.OK, 0)
 	}
 }
