@@ -74,6 +74,13 @@ func firstCalls() []firstCall {
 		{"RosterOf", func() string { return fmt.Sprint(impl.RosterOf(teaShifts(), teaWorkers(), []int{0, 0, 1})) }, is(impl.Roster{}, impl.ErrState, 1)},
 		{"BestRoster", func() string { return fmt.Sprint(impl.BestRoster(teaShifts(), teaWorkers())) }, is(rosterOf(930, 0, 1, 1), impl.OK)},
 		{"BestRoster at once", atOnce(func() string { return fmt.Sprint(impl.BestRoster(apartShifts(3), freeWorkers(5))) }), is(rosterOf(30, 0, 0, 0), impl.OK)},
+		{"WatchOf", func() string { return fmt.Sprint(impl.WatchOf([]float64{4, gaps()[0], 6.5, 4.5})) }, is(impl.Watch{Count: 3, Gaps: 1, Mean: 5, Least: 4, Most: 6.5}, impl.OK)},
+		{"Alarms", func() string { return fmt.Sprint(impl.Alarms([]float64{8, 9, 7, 5, 9, 9}, 7.5, 5, 2)) }, is(alarmsAt(1, 3, 5, 6), impl.OK)},
+		{"WarmMinutes", func() string { return fmt.Sprint(impl.WarmMinutes([]float64{8, 6, gaps()[0], 9}, 7, 1.5)) }, is(4.5, impl.OK)},
+		{"PowerOf", func() string {
+			return fmt.Sprint(impl.PowerOf([]impl.Power{powerAt(3, 4)}, []impl.Power{powerAt(1, 2)}))
+		}, is(powerAt(11, -2), impl.OK)},
+		{"Bridge", func() string { return fmt.Sprint(impl.Bridge([]impl.Power{powerAt(2, 0), powerAt(0, 2)})) }, is(powerAt(0.5, -0.5), impl.OK)},
 		{"CodeWord", func() string { return fmt.Sprint(impl.CodeWord(impl.ErrShort)) }, is("short")},
 		{"CodeOf", func() string { return fmt.Sprint(impl.CodeOf("short")) }, is(impl.ErrShort)},
 	}

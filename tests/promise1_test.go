@@ -1140,6 +1140,74 @@ func TestP1RostersOfAnyKindAreAnswered(t *testing.T) {
 	}
 }
 
+func oddTraces() [][]float64 {
+	traces := slices.Concat(rightTraces(), wrongTraces(), longTraces(), [][]float64{{}, make([]float64, impl.MaxList)})
+	for _, number := range oddFloats() {
+		traces = append(traces, []float64{number}, []float64{8, number, 9}, []float64{number, 8, 8, number, -8, number})
+	}
+	return traces
+}
+
+func oddFloats() []float64 {
+	list := slices.Concat(gaps(), beyond(1000), beyond(1000000), []float64{0, minusNought(), 5e-324, -5e-324, 1, 1.5, 4, -1, 1000, -1000, 1000000, -1000000, math.SmallestNonzeroFloat32, math.MaxFloat32})
+	for _, n := range oddNumbers() {
+		list = append(list, float64(n))
+	}
+	return list
+}
+
+func oddPowers() [][]impl.Power {
+	lists := slices.Concat(rightPowers(), wrongPowers(), [][]impl.Power{{}, {{}}, make([]impl.Power, impl.MaxPhases+1), make([]impl.Power, impl.MaxList), make([]impl.Power, impl.MaxList+1)})
+	for _, number := range oddFloats() {
+		lists = append(lists, []impl.Power{powerAt(number, 1)}, []impl.Power{powerAt(3, 4), powerAt(number, number)})
+	}
+	return lists
+}
+
+// isNumber: each is one, and a finite one.
+func isNumber(numbers ...float64) bool {
+	return !slices.ContainsFunc(numbers, func(number float64) bool { return math.IsNaN(number) || math.IsInf(number, 0) })
+}
+
+func TestP1FridgesOfAnyKindAreAnswered(t *testing.T) {
+	for _, trace := range oddTraces() {
+		watch, code := impl.WatchOf(trace)
+		mustBeZero(t, "WatchOf", code, sameWatch(watch, impl.Watch{}))
+		if !isNumber(watch.Mean, watch.Least, watch.Most) {
+			t.Errorf("WatchOf of %.300s tells %v", fmt.Sprint(trace), watch)
+		}
+		for _, number := range oddFloats() {
+			for _, hold := range []int{math.MinInt, 0, 1, 2, impl.MaxTrace, impl.MaxTrace + 1, math.MaxInt} {
+				alarms, code := impl.Alarms(trace, number, -number, hold)
+				mustBeZero(t, "Alarms", code, len(alarms) == 0)
+			}
+			warm, code := impl.WarmMinutes(trace, number, float32(number))
+			mustBeZero(t, "WarmMinutes", code, math.Float32bits(warm) == 0)
+			warm, code = impl.WarmMinutes(trace, number, 1.5)
+			mustBeZero(t, "WarmMinutes", code, math.Float32bits(warm) == 0)
+			if !isNumber(float64(warm)) {
+				t.Errorf("WarmMinutes of %.300s, %v tells %v", fmt.Sprint(trace), number, warm)
+			}
+		}
+	}
+}
+
+func TestP1PowersOfAnyKindAreAnswered(t *testing.T) {
+	for _, volts := range oddPowers() {
+		bridge, code := impl.Bridge(volts)
+		mustBeZero(t, "Bridge", code, noPower(bridge))
+		for _, amps := range [][]impl.Power{nil, volts, manyPowers(1), manyPowers(2), wrongPowers()[5], manyPowers(len(volts))} {
+			for _, both := range [][2][]impl.Power{{volts, amps}, {amps, volts}} {
+				power, code := impl.PowerOf(both[0], both[1])
+				mustBeZero(t, "PowerOf", code, noPower(power))
+				if !isNumber(power.Re, power.Im, bridge.Re, bridge.Im) {
+					t.Errorf("of %.300s, %.300s: %v, %v", fmt.Sprint(volts), fmt.Sprint(amps), power, bridge)
+				}
+			}
+		}
+	}
+}
+
 func TestP1NoArgumentIsChanged(t *testing.T) {
 	for _, amount := range []int{1000, -10, 0, most, -most, most + 1} {
 		for _, list := range oddLists() {
@@ -1657,6 +1725,38 @@ func TestP1NoShiftWorkerOrWhoIsChanged(t *testing.T) {
 	}
 }
 
+func sameAllBits(a, b []float64) bool { return slices.EqualFunc(a, b, sameBits) }
+
+func TestP1NoTraceIsChanged(t *testing.T) {
+	for _, trace := range oddTraces() {
+		held := append(slices.Clone(trace), 77, minusNought(), math.NaN()) // what stands behind the end of the argument
+		before, given := slices.Clone(held), held[:len(trace)]
+		impl.WatchOf(given)
+		impl.Alarms(given, 7, 3, 1)
+		impl.Alarms(given, 7, 3, 2)
+		impl.WarmMinutes(given, 0.5, 1.5)
+		if !sameAllBits(held, before) {
+			t.Fatalf("a trace that was given is changed: %.300s", fmt.Sprint(held))
+		}
+	}
+}
+
+func TestP1NoPowerIsChanged(t *testing.T) {
+	held := func(powers []impl.Power) []impl.Power { // with what stands behind the end of the argument
+		return append(slices.Clone(powers), powerAt(77, -78), powerAt(math.NaN(), minusNought()))
+	}
+	for _, powers := range oddPowers() {
+		volts, amps := held(powers), held(manyPowers(len(powers)))
+		impl.PowerOf(volts[:len(powers)], amps[:len(powers)])
+		impl.PowerOf(amps[:len(powers)], volts[:len(powers)])
+		impl.PowerOf(volts[:len(powers)], volts[:len(powers)])
+		impl.Bridge(volts[:len(powers)])
+		if !slices.EqualFunc(volts, held(powers), samePower) || !slices.EqualFunc(amps, held(manyPowers(len(powers))), samePower) {
+			t.Fatalf("powers that were given are changed: %.300s, %.300s", fmt.Sprint(volts), fmt.Sprint(amps))
+		}
+	}
+}
+
 // wantNewMemory writes over an answer's list, behind its end too; what was given must stay, and the next answer be as it was.
 func wantNewMemory[T comparable](t *testing.T, what string, given []int, call func() ([]T, int), over T) {
 	t.Helper()
@@ -1812,6 +1912,20 @@ func TestP1EachRosterIsNewMemory(t *testing.T) {
 		}, -7)
 		if !slices.Equal(shifts, apartShifts(count)) || fmt.Sprint(workers) != fmt.Sprint(freeWorkers(impl.MaxWorkers)) {
 			t.Error("an answer shares memory with what was given", shifts, workers)
+		}
+	}
+}
+
+func TestP1EachListOfAlarmsIsNewMemory(t *testing.T) {
+	var trace []float64
+	for len(trace) < impl.MaxTrace {
+		trace = append(trace, 9, 1)
+		for count := 1; count <= len(trace)/2; count *= 3 {
+			before := slices.Clone(trace)
+			wantNewMemory(t, "Alarms", nil, func() ([]impl.Alarm, int) { return impl.Alarms(trace[len(trace)-2*count:], 5, 4, 1) }, impl.Alarm{From: -7, To: -8})
+			if !sameAllBits(trace, before) {
+				t.Error("an answer shares memory with what was given", trace)
+			}
 		}
 	}
 }
@@ -2585,6 +2699,25 @@ func answers(backwards bool) []string {
 	for _, who := range oddWho() {
 		calls = append(calls, func() string { return fmt.Sprint(impl.RosterOf(teaShifts(), teaWorkers(), who)) })
 	}
+	for _, trace := range oddTraces() {
+		calls = append(calls, func() string { return fmt.Sprint(impl.WatchOf(trace)) })
+		calls = append(calls, func() string { return fmt.Sprint(impl.Alarms(trace, 7, 3, 2)) })
+		calls = append(calls, func() string { return fmt.Sprint(impl.WarmMinutes(trace, 0.1, 1.1)) })
+	}
+	for _, number := range oddFloats() {
+		calls = append(calls, func() string { return fmt.Sprint(impl.Alarms(rightTraces()[12], number, 3, 1)) })
+		calls = append(calls, func() string { return fmt.Sprint(impl.Alarms(rightTraces()[12], 7, number, 1)) })
+		calls = append(calls, func() string { return fmt.Sprint(impl.WarmMinutes(rightTraces()[12], number, 1.1)) })
+		calls = append(calls, func() string { return fmt.Sprint(impl.WarmMinutes(rightTraces()[12], 5.3, float32(number))) })
+	}
+	for _, hold := range oddNumbers() {
+		calls = append(calls, func() string { return fmt.Sprint(impl.Alarms(rightTraces()[12], 7.5, 5, hold)) })
+	}
+	for _, powers := range oddPowers() {
+		calls = append(calls, func() string { return fmt.Sprint(impl.PowerOf(powers, manyPowers(1))) })
+		calls = append(calls, func() string { return fmt.Sprint(impl.PowerOf(manyPowers(2), powers)) })
+		calls = append(calls, func() string { return fmt.Sprint(impl.Bridge(powers)) })
+	}
 	for _, rate := range oddRates() {
 		calls = append(calls, func() string { return fmt.Sprint(impl.RateOK(rate)) })
 		calls = append(calls, func() string { return fmt.Sprint(impl.Split(-1235, rate)) })
@@ -3022,5 +3155,26 @@ func TestP1NoShiftsWorkersOrWhoAndNilAreTheSame(t *testing.T) {
 		wantNoRoster(t, apartShifts(1), []impl.Worker{none}, []int{0}, impl.ErrKind, 0)
 		wantNoBestRoster(t, apartShifts(1), []impl.Worker{none}, impl.ErrNone)
 		wantRoster(t, nil, []impl.Worker{none}, nil, impl.Roster{}, impl.OK, 0)
+	}
+}
+
+func TestP1NoTraceOrPowersAndNilAreTheSame(t *testing.T) {
+	for _, trace := range [][]float64{nil, {}} {
+		wantWatch(t, trace, impl.Watch{}, impl.ErrNone)
+		for _, number := range oddFloats() {
+			for _, hold := range oddNumbers() {
+				wantAlarmsByWords(t, trace, number, -1000, hold)
+			}
+			wantAlarmsByWords(t, trace, 1000, number, 1)
+			wantWarmByWords(t, trace, number, 1.5)
+			wantWarmByWords(t, trace, 5, float32(number))
+		}
+	}
+	for _, none := range [][]impl.Power{nil, {}} {
+		wantBridge(t, none, impl.Power{}, impl.OK)
+		for _, powers := range append(oddPowers(), none) {
+			wantPowerByWords(t, none, powers)
+			wantPowerByWords(t, powers, none)
+		}
 	}
 }
