@@ -81,6 +81,11 @@ func firstCalls() []firstCall {
 			return fmt.Sprint(impl.PowerOf([]impl.Power{powerAt(3, 4)}, []impl.Power{powerAt(1, 2)}))
 		}, is(powerAt(11, -2), impl.OK)},
 		{"Bridge", func() string { return fmt.Sprint(impl.Bridge([]impl.Power{powerAt(2, 0), powerAt(0, 2)})) }, is(powerAt(0.5, -0.5), impl.OK)},
+		{"SourcesOK", func() string { return fmt.Sprint(impl.SourcesOK(webSources(), webWanted())) }, is(true)},
+		{"SourceOf", func() string { return fmt.Sprint(impl.SourceOf(webSources(), webWanted(), []int{1, 2})) }, is(sendingOf(2, 300, 1, 2), impl.OK)},
+		{"BestSource", func() string { return fmt.Sprint(impl.BestSource(webSources(), webWanted())) }, is(sendingOf(1, 300, 0, 0), impl.OK)},
+		{"BestSource at once", atOnce(func() string { return fmt.Sprint(impl.BestSource(webSources(), webWanted())) }), is(sendingOf(1, 300, 0, 0), impl.OK)},
+		{"CartRun", func() string { return fmt.Sprint(impl.CartRun(10, cartActs(cartHeld(1, 6, 5), cartHeld(2, 5, 5)))) }, is([]impl.CartObs{{Free: 4}, {Code: impl.ErrShort, Free: 4}}, cartsOf(0, 4, 0, holdOf(1, 6, 5)), impl.OK)},
 		{"CodeWord", func() string { return fmt.Sprint(impl.CodeWord(impl.ErrShort)) }, is("short")},
 		{"CodeOf", func() string { return fmt.Sprint(impl.CodeOf("short")) }, is(impl.ErrShort)},
 	}

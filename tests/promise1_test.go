@@ -1208,6 +1208,93 @@ func TestP1PowersOfAnyKindAreAnswered(t *testing.T) {
 	}
 }
 
+func oddSources() [][]impl.Source {
+	lists := slices.Concat(wrongListsOfSources(), longListsOfSources(), [][]impl.Source{nil, {}, webSources(), fullSources(impl.MaxSources, impl.MaxKinds, impl.MaxMany), sourcesOf(sourceOf("s", 0))})
+	for _, n := range oddNumbers() {
+		lists = append(lists, sourcesOf(sourceOf("s", n, stocked("a", 9), stocked("b", 9))), append(webSources(), sourceOf("s", 1, stocked("a", n), stocked("b", 2))))
+	}
+	for _, text := range oddTexts() {
+		lists = append(lists, sourcesOf(sourceOf(text, 1, stocked("a", 9))), append(webSources(), sourceOf("s", 1, stocked(text, 9))))
+	}
+	return lists
+}
+
+func oddWanted() [][]impl.Stocked {
+	lists := slices.Concat(rightWanted(), wrongWanted(), longWanted(), [][]impl.Stocked{webWanted()})
+	for _, n := range oddNumbers() {
+		lists = append(lists, stockedOf(stocked("a", n)), append(webWanted(), stocked("c", n)))
+	}
+	for _, text := range oddTexts() {
+		lists = append(lists, stockedOf(stocked(text, 1)), append(webWanted(), stocked(text, 1)))
+	}
+	return lists
+}
+
+func oddFrom() [][]int {
+	return slices.Concat(oddLists(), ordersThatFitNot(2), [][]int{{0, 0}, {1, 2}, {2, 2}, {0}, alike(0, impl.MaxList+1)})
+}
+
+// mixedCartActs have each kind of act and of code; behind them there are several holds.
+func mixedCartActs() []impl.CartAct {
+	return cartsAhead(fourHolds(), cartHeld(4, 90, 5), impl.CartAct{Kind: 7}, cartBought(9), cartDropped(0), minutesOn(-1), cartHeld(0, 1, 1), minutesOn(7), cartBought(4), cartDropped(6), cartHeld(2, 3, 4), cartHeld(8, 60, 9), cartHeld(2, 1, 90))
+}
+
+func oddCartActs() [][]impl.CartAct {
+	lists := [][]impl.CartAct{nil, {}, make([]impl.CartAct, 1), mixedCartActs(), fourHolds(), make([]impl.CartAct, impl.MaxActs), make([]impl.CartAct, impl.MaxActs+1), make([]impl.CartAct, impl.MaxList), make([]impl.CartAct, impl.MaxList+1)}
+	for _, n := range append(oddNumbers(), 4, 5, 6, impl.MaxHold, impl.MaxHold+1, impl.MaxMany, impl.MaxLotNo, impl.MaxLotNo+1) {
+		for _, act := range cartActs(impl.CartAct{Kind: n, Cart: 4, Units: 1, Num: 1}, impl.CartAct{Kind: n, Cart: n, Units: n, Num: n}, cartHeld(n, 1, 9), cartHeld(4, n, 9), cartHeld(4, 1, n), cartBought(n), cartDropped(n), minutesOn(n)) {
+			lists = append(lists, slices.Concat(cartActs(act), fourHolds(), cartActs(act, minutesOn(7), act, cartBought(4), act, act)))
+		}
+	}
+	return lists
+}
+
+func oddStocks() []int { return append(oddNumbers(), 39, 100, impl.MaxMany, impl.MaxMany+1) }
+
+func TestP1SourcesOfAnyKindAreAnswered(t *testing.T) {
+	wants := func(sources []impl.Source, wanted []impl.Stocked) {
+		impl.SourcesOK(sources, wanted)
+		best, code := impl.BestSource(sources, wanted)
+		mustBeZero(t, "BestSource", code, sameSending(best, impl.Sourcing{}))
+		if code == impl.OK && len(best.From) != len(wanted) {
+			t.Errorf("BestSource tells %+v of %d entries", best, len(wanted))
+		}
+		for _, from := range oddFrom() {
+			sending, code := impl.SourceOf(sources, wanted, from)
+			mustBeZero(t, "SourceOf", code, sameSending(sending, impl.Sourcing{}))
+		}
+	}
+	for _, sources := range oddSources() {
+		for _, wanted := range [][]impl.Stocked{nil, webWanted(), make([]impl.Stocked, 1)} {
+			wants(sources, wanted)
+		}
+	}
+	for _, wanted := range oddWanted() {
+		for _, sources := range [][]impl.Source{nil, webSources(), make([]impl.Source, 1)} {
+			wants(sources, wanted)
+		}
+	}
+}
+
+func TestP1CartsOfAnyKindAreAnswered(t *testing.T) {
+	for _, acts := range oddCartActs() {
+		for _, units := range oddStocks() {
+			told, carts, code := impl.CartRun(units, acts)
+			mustBeZero(t, "CartRun", code, len(told) == 0 && sameCarts(carts, impl.Carts{}))
+			if code != impl.OK {
+				continue
+			}
+			if len(told) != len(acts) || carts.Free+heldUnits(carts.Holds)+carts.Sold != units {
+				t.Errorf("CartRun(%d) tells %d of %d acts, %+v", units, len(told), len(acts), carts)
+			}
+			for _, o := range told {
+				mustBeZero(t, "an act of carts", o.Code, o.Free >= 0)
+			}
+		}
+		wantCartsKept(t, "odd", 100, acts[:min(len(acts), impl.MaxActs)])
+	}
+}
+
 func TestP1NoArgumentIsChanged(t *testing.T) {
 	for _, amount := range []int{1000, -10, 0, most, -most, most + 1} {
 		for _, list := range oddLists() {
@@ -1757,6 +1844,64 @@ func TestP1NoPowerIsChanged(t *testing.T) {
 	}
 }
 
+// withStockBehind makes sources whose Stock has entries behind its end.
+func withStockBehind(sources []impl.Source) []impl.Source {
+	held := append(slices.Clone(sources), sourceOf("behind", 7, stocked("a", 8)), sourceOf("hub", 0)) // what stands behind the end of the argument
+	for number, source := range held {
+		held[number].Stock = append(slices.Clone(source.Stock), stocked("behind", 9), stocked("a", 10))[:len(source.Stock)]
+	}
+	return held
+}
+
+func stockBehind(sources []impl.Source) []impl.Stocked {
+	var stock []impl.Stocked
+	for _, source := range sources {
+		stock = append(stock, source.Stock[:len(source.Stock)+2]...)
+	}
+	return stock
+}
+
+func TestP1NoSourceOrWantedIsChanged(t *testing.T) {
+	wants := func(sources []impl.Source, wanted []impl.Stocked) {
+		t.Helper()
+		heldSources := withStockBehind(sources)
+		heldWanted := append(slices.Clone(wanted), stocked("behind", 77), stocked("a", 1))
+		beforeSources, beforeStock, beforeWanted := fmt.Sprint(heldSources), stockBehind(heldSources), slices.Clone(heldWanted)
+		givenSources, givenWanted := heldSources[:len(sources)], heldWanted[:len(wanted)]
+		for _, from := range oddFrom() {
+			heldFrom := append(slices.Clone(from), 77, 78, 79)
+			beforeFrom := slices.Clone(heldFrom)
+			impl.SourceOf(givenSources, givenWanted, heldFrom[:len(from)])
+			if !slices.Equal(heldFrom, beforeFrom) {
+				t.Fatalf("a From that was given is changed: %.200s", fmt.Sprint(heldFrom))
+			}
+		}
+		impl.SourcesOK(givenSources, givenWanted)
+		impl.BestSource(givenSources, givenWanted)
+		if fmt.Sprint(heldSources) != beforeSources || !slices.Equal(stockBehind(heldSources), beforeStock) || !slices.Equal(heldWanted, beforeWanted) {
+			t.Fatalf("sources or what is wanted that were given are changed: %.200s, %.200s", fmt.Sprint(heldSources), fmt.Sprint(heldWanted))
+		}
+	}
+	for _, sources := range oddSources() {
+		wants(sources, webWanted())
+	}
+	for _, wanted := range oddWanted() {
+		wants(webSources(), wanted)
+	}
+	wants(fullSources(impl.MaxSources, impl.MaxKinds, 9), fullStock(impl.MaxWanted, 9))
+}
+
+func TestP1NoActOfCartsIsChanged(t *testing.T) {
+	for _, acts := range oddCartActs() {
+		held := append(slices.Clone(acts), cartHeld(7, 8, 9), minutesOn(77))
+		before := slices.Clone(held)
+		impl.CartRun(100, held[:len(acts)])
+		if !slices.Equal(held, before) {
+			t.Fatalf("acts that were given are changed: %.300s", fmt.Sprint(held))
+		}
+	}
+}
+
 // wantNewMemory writes over an answer's list, behind its end too; what was given must stay, and the next answer be as it was.
 func wantNewMemory[T comparable](t *testing.T, what string, given []int, call func() ([]T, int), over T) {
 	t.Helper()
@@ -1927,6 +2072,41 @@ func TestP1EachListOfAlarmsIsNewMemory(t *testing.T) {
 				t.Error("an answer shares memory with what was given", trace)
 			}
 		}
+	}
+}
+
+func TestP1EachSendingIsNewMemory(t *testing.T) {
+	for count := 1; count <= impl.MaxWanted; count++ {
+		sources, wanted, from := fullSources(impl.MaxSources, impl.MaxKinds, 9), fullStock(count, 3), numbersUpTo(count)
+		wantNewMemory(t, "SourceOf", from, func() ([]int, int) {
+			sending, code := impl.SourceOf(sources, wanted, from)
+			return sending.From, code
+		}, -7)
+		wantNewMemory(t, "BestSource", from, func() ([]int, int) {
+			sending, code := impl.BestSource(sources, wanted)
+			return sending.From, code
+		}, -7)
+		if !slices.Equal(wanted, fullStock(count, 3)) || fmt.Sprint(sources) != fmt.Sprint(fullSources(impl.MaxSources, impl.MaxKinds, 9)) {
+			t.Error("an answer shares memory with what was given", sources, wanted)
+		}
+	}
+}
+
+func TestP1EachAnswerOfCartsIsNewMemory(t *testing.T) {
+	given := mixedCartActs()
+	for count := len(fourHolds()); count <= len(given); count++ {
+		acts := given[:count]
+		wantNewMemory(t, "CartRun", nil, func() ([]impl.CartObs, int) {
+			told, _, code := impl.CartRun(100, acts)
+			return told, code
+		}, impl.CartObs{Code: -7, Free: -8})
+		wantNewMemory(t, "CartRun", nil, func() ([]impl.CartHold, int) {
+			_, carts, code := impl.CartRun(100, acts)
+			return carts.Holds, code
+		}, holdOf(-7, -8, -9))
+	}
+	if !slices.Equal(given, mixedCartActs()) {
+		t.Error("an answer shares memory with what was given", given)
 	}
 }
 
@@ -2718,6 +2898,25 @@ func answers(backwards bool) []string {
 		calls = append(calls, func() string { return fmt.Sprint(impl.PowerOf(manyPowers(2), powers)) })
 		calls = append(calls, func() string { return fmt.Sprint(impl.Bridge(powers)) })
 	}
+	for _, sources := range oddSources() {
+		calls = append(calls, func() string { return fmt.Sprint(impl.SourcesOK(sources, webWanted())) })
+		calls = append(calls, func() string { return fmt.Sprint(impl.SourceOf(sources, webWanted(), []int{0, 0})) })
+		calls = append(calls, func() string { return fmt.Sprint(impl.BestSource(sources, webWanted())) })
+	}
+	for _, wanted := range oddWanted() {
+		calls = append(calls, func() string { return fmt.Sprint(impl.SourcesOK(webSources(), wanted)) })
+		calls = append(calls, func() string { return fmt.Sprint(impl.SourceOf(webSources(), wanted, []int{1, 2})) })
+		calls = append(calls, func() string { return fmt.Sprint(impl.BestSource(webSources(), wanted)) })
+	}
+	for _, from := range oddFrom() {
+		calls = append(calls, func() string { return fmt.Sprint(impl.SourceOf(webSources(), webWanted(), from)) })
+	}
+	for _, acts := range oddCartActs() {
+		calls = append(calls, func() string { return fmt.Sprint(impl.CartRun(100, acts)) })
+	}
+	for _, units := range oddStocks() {
+		calls = append(calls, func() string { return fmt.Sprint(impl.CartRun(units, mixedCartActs())) })
+	}
 	for _, rate := range oddRates() {
 		calls = append(calls, func() string { return fmt.Sprint(impl.RateOK(rate)) })
 		calls = append(calls, func() string { return fmt.Sprint(impl.Split(-1235, rate)) })
@@ -3175,6 +3374,45 @@ func TestP1NoTraceOrPowersAndNilAreTheSame(t *testing.T) {
 		for _, powers := range append(oddPowers(), none) {
 			wantPowerByWords(t, none, powers)
 			wantPowerByWords(t, powers, none)
+		}
+	}
+}
+
+func TestP1NoSourcesWantedOrFromAndNilAreTheSame(t *testing.T) {
+	for _, sources := range [][]impl.Source{nil, {}} {
+		for _, wanted := range append(oddWanted(), []impl.Stocked{}) {
+			wantSourcesOK(t, sources, wanted, sourcesByWords(sources, wanted))
+			wantBestSendingBySearch(t, sources, wanted)
+			for _, from := range [][]int{nil, {}, {0}} {
+				wantSendingByWords(t, sources, wanted, from)
+			}
+		}
+	}
+	for _, wanted := range [][]impl.Stocked{nil, {}} {
+		for _, sources := range oddSources() {
+			wantSourcesOK(t, sources, wanted, sourcesByWords(sources, wanted))
+			wantBestSendingBySearch(t, sources, wanted)
+			for _, from := range [][]int{nil, {}, {0}} {
+				wantSendingByWords(t, sources, wanted, from)
+			}
+		}
+	}
+	for _, stock := range [][]impl.Stocked{nil, {}} {
+		none := sourcesOf(sourceOf("s", 5, stock...))
+		none[0].Stock = stock
+		wantSourcesOK(t, none, webWanted(), true)
+		wantNoSending(t, none, webWanted(), []int{0, 0}, impl.ErrShort)
+		wantNoBestSending(t, none, webWanted(), impl.ErrNone)
+		wantSending(t, none, nil, nil, impl.Sourcing{}, impl.OK)
+	}
+}
+
+func TestP1NoActsOfCartsAndNilAreTheSame(t *testing.T) {
+	for _, units := range oddStocks() {
+		toldN, cartsN, codeN := impl.CartRun(units, nil)
+		toldE, cartsE, codeE := impl.CartRun(units, []impl.CartAct{})
+		if len(toldN) != 0 || len(toldE) != 0 || !sameCarts(cartsN, cartsE) || codeN != codeE {
+			t.Errorf("CartRun(%d): %v, %+v, %d of nil; %v, %+v, %d of no acts", units, toldN, cartsN, codeN, toldE, cartsE, codeE)
 		}
 	}
 }
